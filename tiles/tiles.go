@@ -33,5 +33,36 @@ func Center(w, t int) api.Vec {
 
 // Of returns the tile that contains the point p, which must lie on a ground of w columns.
 func Of(w int, p api.Vec) int {
-	return int(p.X/api.One) + w*int(p.Y/api.One)
+	return column(p.X) + w*column(p.Y)
+}
+
+// Meets reports whether the nearest point of the tile t of a ground of w columns is closer to p than r, which is at most 4 tiles.
+func Meets(w, t int, p api.Vec, r int64) bool {
+	x, y := beside(p.X, t%w), beside(p.Y, t/w)
+	return x < r && y < r && x*x+y*y < r*r
+}
+
+// Free reports whether the disc at p is on the ground of w times h tiles and meets only open ones.
+func Free(w, h int, open []bool, p api.Vec, r int64) bool {
+	if p.X < r || p.X > int64(w)*api.One-r || p.Y < r || p.Y > int64(h)*api.One-r {
+		return false
+	}
+	right, below := min(column(p.X+r), w-1), min(column(p.Y+r), h-1)
+	for y := column(p.Y - r); y <= below; y++ {
+		for x := column(p.X - r); x <= right; x++ {
+			if t := x + w*y; !open[t] && Meets(w, t, p, r) {
+				return false
+			}
+		}
+	}
+	return true
+}
+
+// column returns the column, or the row, in which a component that is not negative lies.
+func column(a int64) int { return int(a / api.One) }
+
+// beside returns how far a component lies outside of this column, or row.
+func beside(a int64, column int) int64 {
+	from := int64(column) * api.One
+	return max(from-a, a-from-api.One, 0)
 }
