@@ -2,6 +2,8 @@
 package crowd
 
 import (
+	"cmp"
+	"slices"
 	"sync"
 
 	"throng/api"
@@ -81,4 +83,9 @@ func (c *Crowd) open(class int) []bool {
 	l := &c.lands[class]
 	l.once.Do(func() { l.open, _ = clear.Open(c.ground, c.buildings, class) })
 	return l.open
+}
+
+// Find returns where the unit with this ID is in l, whose IDs are ascending, and whether it is there.
+func Find(l []api.Unit, id int) (int, bool) {
+	return slices.BinarySearchFunc(l, id, func(u api.Unit, id int) int { return cmp.Compare(u.ID, id) })
 }
