@@ -20,14 +20,14 @@ type Crowd struct {
 	buildings []api.Building
 	lands     [api.Hover + 1]land
 	index     *cells.Cells
-	discs     map[int]discOf // by IDs
-	widest    int64          // of all radii that units can have
+	discs     map[int]Disc // by IDs
+	widest    int64        // of all radii that units can have
 }
 
-// discOf is the disc of a unit.
-type discOf struct {
-	at     api.Vec
-	radius int64
+// Disc is the disc of a unit.
+type Disc struct {
+	At     api.Vec
+	Radius int64
 }
 
 // land is what is open for a class; it is reckoned when it is asked for.
@@ -38,7 +38,7 @@ type land struct {
 
 // New returns a crowd without units.
 func New(g api.Ground, l []api.Building) *Crowd {
-	c := &Crowd{ground: g, buildings: l, index: cells.New(), discs: map[int]discOf{}}
+	c := &Crowd{ground: g, buildings: l, index: cells.New(), discs: map[int]Disc{}}
 	for k := range api.Kinds {
 		of, _ := kind.Of(k)
 		c.widest = max(c.widest, of.Radius)
@@ -61,7 +61,7 @@ func Of(w api.World) *Crowd {
 func (c *Crowd) Put(id, k int, p api.Vec) {
 	of, _ := kind.Of(k)
 	c.index.Put(id, p)
-	c.discs[id] = discOf{p, of.Radius}
+	c.discs[id] = Disc{p, of.Radius}
 }
 
 // Fits reports whether a unit of this kind could be at p: whether its disc is free, and apart from all others than that with this ID.
@@ -70,12 +70,23 @@ func (c *Crowd) Fits(id, k int, p api.Vec) bool {
 	if !tiles.Free(c.ground.W, c.ground.H, c.open(of.Class), p, of.Radius) {
 		return false
 	}
-	for _, other := range c.index.Near(p, of.Radius+c.widest) {
-		if d := c.discs[other]; other != id && !disc.Apart(p, of.Radius, d.at, d.radius) {
+	for _, d := range c.Around(id, p, of.Radius) {
+		if !disc.Apart(p, of.Radius, d.At, d.Radius) {
 			return false
 		}
 	}
 	return true
+}
+
+// Around returns, in ascending order of their IDs, the discs of all units but that with this ID that a disc at p could overlap; others may be among them.
+func (c *Crowd) Around(id int, p api.Vec, r int64) []Disc {
+	var l []Disc
+	for _, other := range c.index.Near(p, r+c.widest) {
+		if other != id {
+			l = append(l, c.discs[other])
+		}
+	}
+	return l
 }
 
 // open returns which tiles are open for a class.
