@@ -1,0 +1,278 @@
+package world
+
+import (
+	"bytes"
+	"math"
+	"slices"
+	"testing"
+
+	"throng/api"
+	"throng/apply"
+	"throng/army"
+	"throng/copies"
+	"throng/field"
+	"throng/ground"
+	"throng/move"
+)
+
+func equal(a, b api.World) bool {
+	return a.Tick == b.Tick && a.Players == b.Players && a.NextID == b.NextID && a.Ground.W == b.Ground.W && a.Ground.H == b.Ground.H &&
+		bytes.Equal(a.Ground.Tiles, b.Ground.Tiles) && slices.Equal(a.Buildings, b.Buildings) && slices.Equal(a.Units, b.Units)
+}
+
+// dice is a source of numbers without a pattern.
+type dice uint64
+
+func (d *dice) roll(n int) int {
+	*d = *d*6364136223846793005 + 1442695040888963407
+	return int(*d>>33) % n
+}
+
+// land returns a ground with some of every terrain.
+func land(w, h int, d *dice) api.Ground {
+	g := api.Ground{W: w, H: h, Tiles: make([]byte, w*h)}
+	for i := range g.Tiles {
+		if r := d.roll(16); r < 6 {
+			g.Tiles[i] = byte(r)
+		}
+	}
+	return g
+}
+
+// some returns n commands; some of them are not valid.
+func some(w api.World, d *dice, n int) []api.Command {
+	var l []api.Command
+	for range n {
+		c := api.Command{Player: d.roll(4), Kind: 1 + d.roll(7)}
+		tile, id := d.roll(len(w.Ground.Tiles)+1), 1+d.roll(w.NextID)
+		if d.roll(2) == 0 {
+			c.Kind = api.CmdSpawn + d.roll(2)
+		}
+		switch c.Kind {
+		case api.CmdSpawn:
+			c.N, c.At = d.roll(4), api.Vec{X: int64(d.roll(w.Ground.W * api.One)), Y: int64(d.roll(w.Ground.H * api.One))}
+		case api.CmdMove:
+			c.Units, c.Tile = []int{id, id + 1 + d.roll(3)}[:1+d.roll(2)], tile
+		case api.CmdStop:
+			c.Units = []int{id}
+		case api.CmdBuild:
+			c.Tile, c.W, c.H = tile, 1+d.roll(2), 1+d.roll(2)
+		case api.CmdDrop:
+			c.N = id
+		case api.CmdLoad:
+			c.N, c.Units = id, []int{1 + d.roll(w.NextID)}
+		case api.CmdUnload:
+			c.N, c.Tile = id, tile
+		}
+		l = append(l, c)
+	}
+	return l
+}
+
+// plain performs a tick without any fields (T1).
+func plain(w api.World, l []api.Command) (api.World, []api.Errno) {
+	errors := make([]api.Errno, len(l))
+	for i, c := range l {
+		x, e := apply.Apply(w, c)
+		if e == api.OK {
+			w = x
+		}
+		errors[i] = e
+	}
+	for _, u := range w.Units {
+		if u.In == 0 {
+			w, _ = move.Unit(w, u.ID)
+		}
+	}
+	w.Tick++
+	return w, errors
+}
+
+func opened(t *testing.T, w api.World, room int) *Engine {
+	t.Helper()
+	x, e := Open(w, room)
+	if x == nil || e != api.OK || !equal(x.World(), w) {
+		t.Fatalf("Open with room %d: %d", room, e)
+	}
+	return x
+}
+
+// P25.2, P25.3, T1, T2
+func TestAgainstPlain(t *testing.T) {
+	d := dice(3)
+	for range 5 {
+		w, _ := New(land(8+d.roll(10), 8+d.roll(10), &d), 3)
+		engines := []*Engine{opened(t, w, 1), opened(t, w, 3), opened(t, w, api.MaxUnits)}
+		for tick := range 120 {
+			l := some(w, &d, d.roll(5))
+			given := copies.Commands(l)
+			want, wantErrors := plain(w, l)
+			for i, x := range engines {
+				errors, e := x.Step(l)
+				if e != api.OK || !slices.Equal(errors, wantErrors) || !equal(x.World(), want) {
+					t.Fatalf("engine %d, tick %d: %d, %v, want %v", i, tick, e, errors, wantErrors)
+				}
+			}
+			for i, c := range l {
+				if !slices.Equal(c.Units, given[i].Units) {
+					t.Fatal("the commands that were handed in changed")
+				}
+			}
+			if army.Check(want) != api.OK {
+				t.Fatalf("tick %d: the world is not valid", tick)
+			}
+			if tick%40 == 7 { // an engine goes on from a state (T4)
+				engines[1] = opened(t, want, 2)
+			}
+			w = want
+		}
+	}
+}
+
+// P25.1
+func TestNew(t *testing.T) {
+	d := dice(8)
+	g := land(5, 4, &d)
+	for _, players := range []int{1, 8} {
+		w, e := New(g, players)
+		if e != api.OK || !equal(w, api.World{Players: players, NextID: 1, Ground: g}) || army.Check(w) != api.OK {
+			t.Errorf("New for %d: %v, %d", players, w, e)
+		}
+		clear(w.Ground.Tiles)
+	}
+	if slices.Max(g.Tiles) == 0 {
+		t.Error("New handed out what it was given")
+	}
+	for _, players := range []int{0, 9, -1, math.MinInt, math.MaxInt} {
+		if w, e := New(g, players); e != api.ErrForm || !equal(w, api.World{}) {
+			t.Errorf("New for %d: %v, %d", players, w, e)
+		}
+	}
+	g.Tiles[3] = 6
+	if w, e := New(g, 1); e != api.ErrForm || !equal(w, api.World{}) {
+		t.Errorf("New on a wrong ground: %v, %d", w, e)
+	}
+}
+
+// P25.2
+func TestOpen(t *testing.T) {
+	d := dice(8)
+	w, _ := New(land(5, 4, &d), 2)
+	for _, room := range []int{0, -1, api.MaxUnits + 1, math.MinInt, math.MaxInt} {
+		if x, e := Open(w, room); x != nil || e != api.ErrForm {
+			t.Errorf("Open with room %d: %d", room, e)
+		}
+	}
+	w.NextID = 0
+	if x, e := Open(w, 1); x != nil || e != api.ErrForm {
+		t.Errorf("Open of a wrong world: %d", e)
+	}
+}
+
+// P25.2: the example, and the limits.
+func TestStep(t *testing.T) {
+	d := dice(8)
+	w, _ := New(land(5, 4, &d), 2)
+	x := opened(t, w, 1)
+	l, e := x.Step(nil)
+	w.Tick = 1
+	if e != api.OK || len(l) > 0 || !equal(x.World(), w) {
+		t.Errorf("Step %v, %d", l, e)
+	}
+	many := make([]api.Command, api.MaxPeers*api.MaxTurn+1)
+	if l, e := x.Step(many); e != api.ErrLimit || len(l) > 0 || !equal(x.World(), w) {
+		t.Errorf("Step with too many commands: %v, %d", l, e)
+	}
+	if l, e := x.Step(many[1:]); e != api.OK || len(l) != 512 || slices.Min(l) != api.ErrForm || slices.Max(l) != api.ErrForm {
+		t.Errorf("Step with as many as may be: %v, %d", l, e)
+	}
+	w.Tick = api.MaxTicks - 1
+	x = opened(t, w, 1)
+	if _, e := x.Step(nil); e != api.OK || x.World().Tick != api.MaxTicks {
+		t.Errorf("the last tick: %d", e)
+	}
+	w.Tick++
+	if l, e := x.Step(many); e != api.ErrState || len(l) > 0 || !equal(x.World(), w) {
+		t.Errorf("one more tick: %v, %d", l, e)
+	}
+}
+
+// R2: neither what was handed in nor what was handed out is the state.
+func TestNothingShared(t *testing.T) {
+	d := dice(8)
+	w, _ := New(land(9, 9, &d), 2)
+	for _, c := range some(w, &d, 40) {
+		if x, e := apply.Apply(w, c); e == api.OK {
+			w = x
+		}
+	}
+	kept := copies.World(w)
+	x := opened(t, w, 4)
+	clear(w.Units)
+	clear(w.Ground.Tiles)
+	clear(w.Buildings)
+	y := x.World()
+	if !equal(y, kept) {
+		t.Error("the state is what was handed in")
+	}
+	clear(y.Units)
+	clear(y.Ground.Tiles)
+	clear(y.Buildings)
+	_ = append(y.Units[:1], api.Unit{ID: 77})
+	if !equal(x.World(), kept) {
+		t.Error("the state was handed out")
+	}
+}
+
+// R1: an engine that Open did not make.
+func TestZero(t *testing.T) {
+	var x Engine
+	if l, e := x.Step(make([]api.Command, 2)); e == api.OK || len(l) > 0 || !equal(x.World(), api.World{}) {
+		t.Errorf("Step %v, %d", l, e)
+	}
+}
+
+// T3: a unit alone arrives if there is a way, and is lost if there is none.
+func TestArrives(t *testing.T) {
+	d := dice(5)
+	seen := map[int]int{}
+	for round := range 100 {
+		g := land(6+d.roll(12), 6+d.roll(12), &d)
+		for x := range g.W {
+			if round%3 == 0 {
+				g.Tiles[g.W*(g.H/2)+x] = api.Rock
+			}
+		}
+		w, _ := New(g, 1)
+		k := d.roll(4)
+		of := []struct{ class, size int }{{0, 0}, {1, 0}, {0, 1}, {2, 0}}[k]
+		start, goal := d.roll(len(g.Tiles)), d.roll(len(g.Tiles))
+		p, _ := ground.Center(g, start)
+		x := opened(t, w, 2)
+		if l, _ := x.Step([]api.Command{{Player: 1, Kind: api.CmdSpawn, N: k, At: p}}); l[0] != api.OK {
+			continue
+		}
+		x.Step([]api.Command{{Player: 1, Kind: api.CmdMove, Units: []int{1}, Tile: goal}})
+		want := api.Lost
+		if to := x.World().Units[0].Goal; to >= 0 {
+			goal = to
+		}
+		if costs, _ := field.Make(g, nil, of.class, of.size, goal); costs[start] >= 0 {
+			want = api.Arrived
+		}
+		for range 5000 {
+			if x.World().Units[0].State != api.Moving {
+				break
+			}
+			x.Step(nil)
+		}
+		u := x.World().Units[0]
+		at, _ := ground.Of(g, u.Pos)
+		if seen[want]++; u.State != want || want == api.Arrived && at != goal {
+			t.Errorf("kind %d from %d to %d: %v, want state %d", k, start, goal, u, want)
+		}
+	}
+	if seen[api.Arrived] < 5 || seen[api.Lost] < 5 {
+		t.Errorf("units came to %v", seen)
+	}
+}
