@@ -45,3 +45,13 @@ func Inputs(l []api.Input) []api.Input {
 	}
 	return l
 }
+
+// Peer returns a copy of p.
+func Peer(p api.Peer) api.Peer {
+	p.Mine = Inputs(p.Mine)
+	p.Inputs = Inputs(p.Inputs)
+	p.Has = slices.Clone(p.Has)
+	p.Acked = slices.Clone(p.Acked)
+	p.Hashes = slices.Clone(p.Hashes)
+	return p
+}
