@@ -68,5 +68,8 @@ func (w *Writer) Hash() uint64 {
 	return n
 }
 
+// Size returns how many bytes were written.
+func (w *Writer) Size() int { return len(w.b) }
+
 // Bytes returns what was written. The writer is not used any more then.
 func (w *Writer) Bytes() []byte { return w.b }
