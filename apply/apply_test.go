@@ -1,4 +1,4 @@
-package apply
+package apply_test
 
 import (
 	"bytes"
@@ -6,6 +6,7 @@ import (
 	"testing"
 
 	"throng/api"
+	"throng/apply"
 	"throng/army"
 	"throng/build"
 	"throng/copies"
@@ -46,7 +47,7 @@ func equal(a, b api.World) bool {
 func done(t *testing.T, w api.World, c api.Command, want api.World) {
 	t.Helper()
 	kept := copies.World(w)
-	got, e := Apply(w, c)
+	got, e := apply.Apply(w, c)
 	if e != api.OK || !equal(got, want) {
 		t.Errorf("Apply(%v) %d, %v, want %v", c, e, got, want)
 	}
@@ -62,7 +63,7 @@ func done(t *testing.T, w api.World, c api.Command, want api.World) {
 func refused(t *testing.T, w api.World, c api.Command, want api.Errno) {
 	t.Helper()
 	kept := copies.World(w)
-	if got, e := Apply(w, c); e != want || !equal(got, api.World{}) || !equal(w, kept) {
+	if got, e := apply.Apply(w, c); e != want || !equal(got, api.World{}) || !equal(w, kept) {
 		t.Errorf("Apply(%v) %d, want %d", c, e, want)
 	}
 }
@@ -95,7 +96,7 @@ func TestSpawn(t *testing.T) {
 	w.NextID = api.MaxID
 	refused(t, w, api.Command{Kind: api.CmdSpawn, Player: 2, At: at(1, 2)}, api.ErrFull)
 	w.NextID--
-	if x, e := Apply(w, api.Command{Kind: api.CmdSpawn, Player: 2, At: at(6, 5)}); e != api.OK || x.NextID != api.MaxID || x.Units[len(w.Units)].ID != api.MaxID-1 {
+	if x, e := apply.Apply(w, api.Command{Kind: api.CmdSpawn, Player: 2, At: at(6, 5)}); e != api.OK || x.NextID != api.MaxID || x.Units[len(w.Units)].ID != api.MaxID-1 {
 		t.Errorf("the last ID: %d", e)
 	}
 }
@@ -108,7 +109,7 @@ func TestSpawnTooMany(t *testing.T) {
 	}
 	refused(t, w, api.Command{Kind: api.CmdSpawn, Player: 1, At: at(120, 120)}, api.ErrFull)
 	w.Units = w.Units[1:]
-	if x, e := Apply(w, api.Command{Kind: api.CmdSpawn, Player: 1, At: at(120, 120)}); e != api.OK || len(x.Units) != api.MaxUnits {
+	if x, e := apply.Apply(w, api.Command{Kind: api.CmdSpawn, Player: 1, At: at(120, 120)}); e != api.OK || len(x.Units) != api.MaxUnits {
 		t.Errorf("the last unit: %d", e)
 	}
 }
@@ -133,7 +134,7 @@ func TestMove(t *testing.T) {
 		done(t, w, api.Command{Kind: api.CmdMove, Player: 1, Units: c.units, Tile: c.tile}, want)
 	}
 	refused(t, camp(), api.Command{Kind: api.CmdMove, Player: 1, Units: []int{99}, Tile: 120}, api.ErrNone)
-	if _, e := Apply(camp(), api.Command{Kind: api.CmdMove, Player: 1, Units: []int{1}, Tile: 119}); e != api.OK {
+	if _, e := apply.Apply(camp(), api.Command{Kind: api.CmdMove, Player: 1, Units: []int{1}, Tile: 119}); e != api.OK {
 		t.Errorf("the last tile: %d", e)
 	}
 	unitsRefused(t, api.Command{Kind: api.CmdMove, Tile: 3})
@@ -144,7 +145,7 @@ func TestMoveWithoutPlaces(t *testing.T) {
 	w := api.World{Players: 1, NextID: 3, Ground: api.Ground{W: 3, H: 1, Tiles: []byte{api.Plain, api.Road, api.Rock}}}
 	w.Units = []api.Unit{{ID: 1, Owner: 1, Pos: at(0, 0), Goal: -1, Next: -1}, {ID: 2, Owner: 1, Pos: at(1, 0), Goal: -1, Next: -1}}
 	for _, tile := range []int{0, 1, 2} {
-		x, e := Apply(w, api.Command{Kind: api.CmdMove, Player: 1, Units: []int{1, 2}, Tile: tile})
+		x, e := apply.Apply(w, api.Command{Kind: api.CmdMove, Player: 1, Units: []int{1, 2}, Tile: tile})
 		want := [][2]int{{0, 1}, {1, 0}, {1, 0}}[tile]
 		if e != api.OK || x.Units[0].Goal != want[0] || x.Units[1].Goal != want[1] {
 			t.Errorf("to %d: %v, %d", tile, x.Units, e)
@@ -153,7 +154,7 @@ func TestMoveWithoutPlaces(t *testing.T) {
 	w.Units = nil
 	w.Ground = api.Ground{W: 3, H: 3, Tiles: []byte{0, 0, 0, 0, 0, 0, 0, 0, 0}}
 	w.Units = []api.Unit{{ID: 1, Owner: 1, Kind: 2, Pos: at(1, 1), Goal: -1, Next: -1}}
-	if x, e := Apply(w, api.Command{Kind: api.CmdMove, Player: 1, Units: []int{1}, Tile: 2}); e != api.OK || x.Units[0].Goal != 2 || x.Units[0].State != api.Moving {
+	if x, e := apply.Apply(w, api.Command{Kind: api.CmdMove, Player: 1, Units: []int{1}, Tile: 2}); e != api.OK || x.Units[0].Goal != 2 || x.Units[0].State != api.Moving {
 		t.Errorf("a giant to a corner: %v, %d", x.Units, e)
 	}
 }
@@ -210,14 +211,14 @@ func TestBuildBesideUnits(t *testing.T) {
 	w := camp()
 	w.Units[0].Pos.X = 2*api.One - 3*api.One/8
 	c := api.Command{Kind: api.CmdBuild, Player: 2, Tile: 26, W: 1, H: 1}
-	if _, e := Apply(w, c); e != api.OK {
+	if _, e := apply.Apply(w, c); e != api.OK {
 		t.Errorf("beside a unit: %d", e)
 	}
 	w.Units[0].Pos.X++
 	refused(t, w, c, api.ErrBlocked)
 	w = camp()
 	w.Ground.Tiles[0] = api.Plain
-	if _, e := Apply(w, api.Command{Kind: api.CmdBuild, Player: 2, W: 1, H: 1}); e != api.OK {
+	if _, e := apply.Apply(w, api.Command{Kind: api.CmdBuild, Player: 2, W: 1, H: 1}); e != api.OK {
 		t.Errorf("at the place of riders: %d", e)
 	}
 }
@@ -287,7 +288,7 @@ func TestLoad(t *testing.T) {
 func TestReach(t *testing.T) {
 	w := camp()
 	w.Units[0].Pos = api.Vec{X: w.Units[3].Pos.X, Y: w.Units[3].Pos.Y - api.Reach}
-	if _, e := Apply(w, api.Command{Kind: api.CmdLoad, Player: 1, N: 6, Units: []int{1}}); e != api.OK {
+	if _, e := apply.Apply(w, api.Command{Kind: api.CmdLoad, Player: 1, N: 6, Units: []int{1}}); e != api.OK {
 		t.Errorf("at the edge of the reach: %d", e)
 	}
 	w.Units[0].Pos.Y--
@@ -299,7 +300,7 @@ func TestLoadTooMany(t *testing.T) {
 	w := camp()
 	w.Units = append(w.Units, api.Unit{ID: 30, Owner: 3, Pos: at(7, 7), Goal: -1, Next: -1})
 	refused(t, w, api.Command{Kind: api.CmdLoad, Player: 3, N: 5, Units: []int{7, 30}}, api.ErrFull)
-	x, e := Apply(w, api.Command{Kind: api.CmdLoad, Player: 3, N: 5, Units: []int{30}})
+	x, e := apply.Apply(w, api.Command{Kind: api.CmdLoad, Player: 3, N: 5, Units: []int{30}})
 	if e != api.OK || x.Units[len(x.Units)-1].In != 5 {
 		t.Fatalf("the last one: %d", e)
 	}
@@ -389,7 +390,7 @@ func TestStaysValid(t *testing.T) {
 	took := map[int]int{}
 	for _, c := range some(20000) {
 		kept := copies.World(w)
-		x, e := Apply(w, c)
+		x, e := apply.Apply(w, c)
 		if !equal(w, kept) {
 			t.Fatalf("Apply(%v) changed what it was given", c)
 		}
@@ -414,7 +415,7 @@ func TestStaysValid(t *testing.T) {
 // P23.1: the example.
 func TestExample(t *testing.T) {
 	c := api.Command{Kind: api.CmdSpawn, Player: 1, At: at(6, 5)}
-	w, e := Apply(camp(), c)
+	w, e := apply.Apply(camp(), c)
 	if e != api.OK {
 		t.Fatalf("the first one: %d", e)
 	}

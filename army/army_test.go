@@ -1,4 +1,4 @@
-package army
+package army_test
 
 import (
 	"bytes"
@@ -7,6 +7,7 @@ import (
 	"testing"
 
 	"throng/api"
+	"throng/army"
 	"throng/build"
 	"throng/disc"
 	"throng/ground"
@@ -106,7 +107,7 @@ func validUnit(w api.World, u api.Unit) bool {
 
 // P21.1: what may be at the edge.
 func TestValid(t *testing.T) {
-	if e := Check(camp()); e != api.OK || !valid(camp()) {
+	if e := army.Check(camp()); e != api.OK || !valid(camp()) {
 		t.Fatalf("Check of a valid world: %d", e)
 	}
 	for i, change := range []func(w *api.World){
@@ -123,7 +124,7 @@ func TestValid(t *testing.T) {
 	} {
 		w := camp()
 		change(&w)
-		if e := Check(w); e != api.OK || !valid(w) {
+		if e := army.Check(w); e != api.OK || !valid(w) {
 			t.Errorf("change %d: %d, %v", i, e, valid(w))
 		}
 	}
@@ -215,17 +216,17 @@ func TestInvalid(t *testing.T) {
 		if valid(w) {
 			t.Errorf("world %d is valid", i)
 		}
-		if e := Check(w); e != api.ErrForm {
+		if e := army.Check(w); e != api.ErrForm {
 			t.Errorf("Check of world %d: %d", i, e)
 		}
 		for _, id := range []int{1, 5, 99} {
-			if u, e := Find(w, id); u != (api.Unit{}) || e != api.ErrForm {
+			if u, e := army.Find(w, id); u != (api.Unit{}) || e != api.ErrForm {
 				t.Errorf("Find in world %d: %v, %d", i, u, e)
 			}
-			if r, e := Riders(w, id); len(r) > 0 || e != api.ErrForm {
+			if r, e := army.Riders(w, id); len(r) > 0 || e != api.ErrForm {
 				t.Errorf("Riders in world %d: %v, %d", i, r, e)
 			}
-			if is, e := Place(w, id, 0, at(9, 9)); is || e != api.ErrForm {
+			if is, e := army.Place(w, id, 0, at(9, 9)); is || e != api.ErrForm {
 				t.Errorf("Place in world %d: %v, %d", i, is, e)
 			}
 		}
@@ -268,7 +269,7 @@ func TestChanges(t *testing.T) {
 		if valid(w) {
 			want, ok = api.OK, ok+1
 		}
-		if e := Check(w); e != want {
+		if e := army.Check(w); e != want {
 			t.Fatalf("Check(%v) %d, want %d", w, e, want)
 		}
 	}
@@ -283,11 +284,11 @@ func TestTooMany(t *testing.T) {
 	for i := range api.MaxUnits {
 		w.Units = append(w.Units, api.Unit{ID: i + 1, Owner: 1, Pos: at(int64(i%100)*2+1, int64(i/100)*2+1), Goal: -1, Next: -1})
 	}
-	if e := Check(w); e != api.OK {
+	if e := army.Check(w); e != api.OK {
 		t.Errorf("MaxUnits units: %d", e)
 	}
 	w.Units = append(w.Units, api.Unit{ID: api.MaxUnits + 1, Owner: 1, Pos: at(1, 199), Goal: -1, Next: -1})
-	if e := Check(w); e != api.ErrForm {
+	if e := army.Check(w); e != api.ErrForm {
 		t.Errorf("one more: %d", e)
 	}
 }
@@ -296,15 +297,15 @@ func TestTooMany(t *testing.T) {
 func TestFind(t *testing.T) {
 	w := camp()
 	for _, u := range w.Units {
-		if v, e := Find(w, u.ID); v != u || e != api.OK {
+		if v, e := army.Find(w, u.ID); v != u || e != api.OK {
 			t.Errorf("Find(%d) %v, %d", u.ID, v, e)
 		}
 	}
 	for _, id := range []int{0, -1, 2, 9, 10, 40, math.MinInt, math.MaxInt} {
-		if v, e := Find(w, id); v != (api.Unit{}) || e != api.ErrNone {
+		if v, e := army.Find(w, id); v != (api.Unit{}) || e != api.ErrNone {
 			t.Errorf("Find(%d) %v, %d", id, v, e)
 		}
-		if l, e := Riders(w, id); len(l) > 0 || e != api.ErrNone {
+		if l, e := army.Riders(w, id); len(l) > 0 || e != api.ErrNone {
 			t.Errorf("Riders(%d) %v, %d", id, l, e)
 		}
 	}
@@ -313,7 +314,7 @@ func TestFind(t *testing.T) {
 // P21.1
 func TestRiders(t *testing.T) {
 	for id, want := range map[int][]int{1: nil, 5: {8, 20, 21, 39}, 6: {22}, 8: nil} {
-		if l, e := Riders(camp(), id); !slices.Equal(l, want) || e != api.OK {
+		if l, e := army.Riders(camp(), id); !slices.Equal(l, want) || e != api.OK {
 			t.Errorf("Riders(%d) %v, %d, want %v", id, l, e, want)
 		}
 	}
@@ -338,7 +339,7 @@ func TestPlace(t *testing.T) {
 				want = false
 			}
 		}
-		if is, e := Place(w, id, k, p); is != want || e != api.OK {
+		if is, e := army.Place(w, id, k, p); is != want || e != api.OK {
 			t.Fatalf("Place(%d, %d, %v) %v, %d", id, k, p, is, e)
 		}
 		if want {
@@ -349,12 +350,12 @@ func TestPlace(t *testing.T) {
 		t.Errorf("%d places alone", trues)
 	}
 	for _, p := range []api.Vec{{X: math.MinInt64}, {Y: math.MaxInt64}, {X: 1<<40 + 1, Y: 1<<40 + 1}, {X: -1 << 40}} {
-		if is, e := Place(w, 1, 0, p); is || e != api.OK {
+		if is, e := army.Place(w, 1, 0, p); is || e != api.OK {
 			t.Errorf("Place at %v: %v, %d", p, is, e)
 		}
 	}
 	for _, k := range []int{-1, 4, math.MinInt, math.MaxInt} {
-		if is, e := Place(w, 1, k, at(9, 9)); is || e != api.ErrForm {
+		if is, e := army.Place(w, 1, k, at(9, 9)); is || e != api.ErrForm {
 			t.Errorf("Place of kind %d: %v, %d", k, is, e)
 		}
 	}
@@ -365,13 +366,13 @@ func TestSamePlace(t *testing.T) {
 	w := camp()
 	kept := copied(w)
 	w.Units[0].Pos = w.Units[5].Pos
-	if e := Check(w); e != api.ErrForm {
+	if e := army.Check(w); e != api.ErrForm {
 		t.Errorf("Check %d", e)
 	}
 	w = camp()
-	Check(w)
-	Riders(w, 5)
-	Place(w, 1, 2, at(9, 9))
+	army.Check(w)
+	army.Riders(w, 5)
+	army.Place(w, 1, 2, at(9, 9))
 	if !slices.Equal(w.Units, kept.Units) || !slices.Equal(w.Buildings, kept.Buildings) || !bytes.Equal(w.Ground.Tiles, kept.Ground.Tiles) {
 		t.Error("the world changed")
 	}

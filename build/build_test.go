@@ -1,4 +1,4 @@
-package build
+package build_test
 
 import (
 	"math"
@@ -6,6 +6,7 @@ import (
 	"testing"
 
 	"throng/api"
+	"throng/build"
 )
 
 // land returns a plain ground, with a road in row 0 and every terrain but these in the last row.
@@ -52,7 +53,7 @@ func TestCheck(t *testing.T) {
 	g := land()
 	good := [][]api.Building{nil, {at(1, 0, 0, 4, 4)}, {at(2, 4, 1, 4, 4), at(5, 0, 0, 1, 1), at(api.MaxID, 1, 0, 3, 4)}, {{ID: 3, Owner: 8, X: 7, Y: 4, W: 1, H: 1}}}
 	for i, l := range good {
-		if e := Check(g, l); e != api.OK {
+		if e := build.Check(g, l); e != api.OK {
 			t.Errorf("good list %d: %d", i, e)
 		}
 	}
@@ -62,24 +63,24 @@ func TestCheck(t *testing.T) {
 		bad = append(bad, []api.Building{b})
 	}
 	for i, l := range bad {
-		if e := Check(g, l); e != api.ErrForm {
+		if e := build.Check(g, l); e != api.ErrForm {
 			t.Errorf("bad list %d: %d", i, e)
 		}
 	}
 	for _, n := range []int{api.MaxBuilt, api.MaxBuilt + 1} {
 		g, l := many(n)
-		if e := Check(g, l); (e == api.OK) != (n == api.MaxBuilt) {
+		if e := build.Check(g, l); (e == api.OK) != (n == api.MaxBuilt) {
 			t.Errorf("%d buildings: %d", n, e)
 		}
 	}
-	if e := Check(api.Ground{}, nil); e != api.ErrForm {
+	if e := build.Check(api.Ground{}, nil); e != api.ErrForm {
 		t.Errorf("no ground: %d", e)
 	}
 }
 
 func refused(t *testing.T, g api.Ground, l []api.Building, b api.Building, want api.Errno) {
 	t.Helper()
-	if r, e := Add(g, l, b); len(r) > 0 || e != want {
+	if r, e := build.Add(g, l, b); len(r) > 0 || e != want {
 		t.Errorf("Add(%v) %v, %d, want %d", b, r, e, want)
 	}
 }
@@ -89,7 +90,7 @@ func TestAdd(t *testing.T) {
 	g := land()
 	l := []api.Building{at(4, 0, 0, 2, 2), at(8, 4, 1, 2, 3)}
 	for i, b := range []api.Building{at(2, 2, 0, 1, 1), at(6, 2, 0, 2, 4), at(11, 6, 1, 2, 4)} {
-		r, e := Add(g, l, b)
+		r, e := build.Add(g, l, b)
 		if want := slices.Insert(slices.Clone(l), i, b); e != api.OK || !slices.Equal(r, want) {
 			t.Errorf("Add(%v) %v, %d", b, r, e)
 		}
@@ -121,7 +122,7 @@ func TestAddToFull(t *testing.T) {
 	refused(t, g, l, at(300, 0, 2, 1, 1), api.ErrFull)
 	refused(t, g, l, at(300, 127, 2, 1, 1), api.ErrBlocked)
 	refused(t, g, l, at(300, 0, 1, 1, 1), api.ErrOverlap)
-	if r, e := Add(g, l[1:], at(300, 0, 2, 1, 1)); len(r) != api.MaxBuilt || e != api.OK {
+	if r, e := build.Add(g, l[1:], at(300, 0, 2, 1, 1)); len(r) != api.MaxBuilt || e != api.OK {
 		t.Errorf("the last one: %d, %d", len(r), e)
 	}
 }
@@ -130,23 +131,23 @@ func TestAddToFull(t *testing.T) {
 func TestDrop(t *testing.T) {
 	l := []api.Building{at(-7, 0, 0, 9, 9), at(4, 0, 0, 9, 9), at(8, 4, 1, 2, 3)}
 	for i, b := range l {
-		if r, e := Drop(l, b.ID); e != api.OK || !slices.Equal(r, slices.Delete(slices.Clone(l), i, i+1)) {
+		if r, e := build.Drop(l, b.ID); e != api.OK || !slices.Equal(r, slices.Delete(slices.Clone(l), i, i+1)) {
 			t.Errorf("Drop(%d) %v, %d", b.ID, r, e)
 		}
 	}
 	for _, id := range []int{0, 5, 9, math.MinInt, math.MaxInt} {
-		if r, e := Drop(l, id); len(r) > 0 || e != api.ErrNone {
+		if r, e := build.Drop(l, id); len(r) > 0 || e != api.ErrNone {
 			t.Errorf("Drop(%d) %v, %d", id, r, e)
 		}
 	}
 	for _, l := range [][]api.Building{{at(4, 0, 0, 1, 1), at(4, 1, 0, 1, 1)}, {at(5, 0, 0, 1, 1), at(4, 1, 0, 1, 1)}} {
 		for _, id := range []int{4, 5, 6} {
-			if r, e := Drop(l, id); len(r) > 0 || e != api.ErrForm {
+			if r, e := build.Drop(l, id); len(r) > 0 || e != api.ErrForm {
 				t.Errorf("Drop(%v, %d) %v, %d", l, id, r, e)
 			}
 		}
 	}
-	if _, e := Drop(nil, 1); e != api.ErrNone {
+	if _, e := build.Drop(nil, 1); e != api.ErrNone {
 		t.Errorf("Drop of nothing: %d", e)
 	}
 }
@@ -155,7 +156,7 @@ func TestDrop(t *testing.T) {
 func TestCovered(t *testing.T) {
 	g := land()
 	l := []api.Building{at(4, 0, 0, 2, 3), at(8, 4, 1, 4, 1)}
-	r, e := Covered(g, l)
+	r, e := build.Covered(g, l)
 	if e != api.OK || len(r) != 48 {
 		t.Fatalf("Covered %v, %d", r, e)
 	}
@@ -165,10 +166,10 @@ func TestCovered(t *testing.T) {
 			t.Errorf("tile %d: %v", i, c)
 		}
 	}
-	if r, e := Covered(g, []api.Building{at(1, 0, 5, 1, 1)}); len(r) > 0 || e != api.ErrForm {
+	if r, e := build.Covered(g, []api.Building{at(1, 0, 5, 1, 1)}); len(r) > 0 || e != api.ErrForm {
 		t.Errorf("Covered of a wrong list: %v, %d", r, e)
 	}
-	if r, e := Covered(api.Ground{}, nil); len(r) > 0 || e != api.ErrForm {
+	if r, e := build.Covered(api.Ground{}, nil); len(r) > 0 || e != api.ErrForm {
 		t.Errorf("Covered of a wrong ground: %v, %d", r, e)
 	}
 }
@@ -180,7 +181,7 @@ func TestAnyOrder(t *testing.T) {
 	for _, order := range [][]int{{0, 1, 2, 3}, {3, 2, 1, 0}, {2, 0, 3, 1}, {1, 3, 0, 2}} {
 		var r []api.Building
 		for _, i := range order {
-			r, _ = Add(g, r, l[i])
+			r, _ = build.Add(g, r, l[i])
 		}
 		if !slices.Equal(r, l) {
 			t.Errorf("order %v: %v", order, r)
@@ -193,8 +194,8 @@ func TestListsAreNew(t *testing.T) {
 	g := land()
 	l := append(make([]api.Building, 0, 9), at(4, 0, 0, 1, 1), at(8, 2, 0, 1, 1), at(9, 4, 0, 1, 1))
 	kept := slices.Clone(l)
-	a, _ := Add(g, l, at(6, 6, 0, 1, 1))
-	b, _ := Drop(l, 4)
+	a, _ := build.Add(g, l, at(6, 6, 0, 1, 1))
+	b, _ := build.Drop(l, 4)
 	clear(a[:cap(a)])
 	clear(b[:cap(b)])
 	if !slices.Equal(l, kept) {

@@ -1,4 +1,4 @@
-package cache
+package cache_test
 
 import (
 	"math"
@@ -6,17 +6,18 @@ import (
 	"testing"
 
 	"throng/api"
+	"throng/cache"
 )
 
 // P15.1
 func TestNew(t *testing.T) {
 	for _, room := range []int{1, 2, api.MaxUnits} {
-		if c, e := New(room); c == nil || e != api.OK || len(c.Keys()) > 0 || c.Hits() != 0 || c.Misses() != 0 {
+		if c, e := cache.New(room); c == nil || e != api.OK || len(c.Keys()) > 0 || c.Hits() != 0 || c.Misses() != 0 {
 			t.Errorf("New(%d) %v, %d", room, c, e)
 		}
 	}
 	for _, room := range []int{0, -1, api.MaxUnits + 1, math.MinInt, math.MaxInt} {
-		if c, e := New(room); c != nil || e != api.ErrForm {
+		if c, e := cache.New(room); c != nil || e != api.ErrForm {
 			t.Errorf("New(%d) %v, %d", room, c, e)
 		}
 	}
@@ -62,7 +63,7 @@ func (m *model) get(key int) (int, bool) {
 // P15.1, P15.2
 func TestAgainstModel(t *testing.T) {
 	for _, room := range []int{1, 2, 3, 10, 40} {
-		c, _ := New(room)
+		c, _ := cache.New(room)
 		m := &model{room: room}
 		seed := uint64(room)
 		for n := range 5000 {
@@ -95,7 +96,7 @@ func TestAgainstModel(t *testing.T) {
 
 // P15.1
 func TestExample(t *testing.T) {
-	c, _ := New(1)
+	c, _ := cache.New(1)
 	c.Put(1, 10)
 	c.Put(2, 20)
 	if v, ok := c.Get(1); v != 0 || ok {
@@ -108,7 +109,7 @@ func TestExample(t *testing.T) {
 
 // P15.1: any number is a key, and a value of 0 is one.
 func TestEdges(t *testing.T) {
-	c, _ := New(4)
+	c, _ := cache.New(4)
 	for _, key := range []int{math.MinInt, 0, math.MaxInt, -1} {
 		c.Put(key, 0)
 		if v, ok := c.Get(key); v != 0 || !ok {
@@ -122,7 +123,7 @@ func TestEdges(t *testing.T) {
 
 // P15.3
 func TestRoom(t *testing.T) {
-	c, _ := New(api.MaxUnits)
+	c, _ := cache.New(api.MaxUnits)
 	for key := range api.MaxUnits {
 		c.Put(key, -key)
 	}
@@ -135,7 +136,7 @@ func TestRoom(t *testing.T) {
 
 // R2
 func TestKeysAreNew(t *testing.T) {
-	c, _ := New(3)
+	c, _ := cache.New(3)
 	c.Put(1, 1)
 	c.Put(2, 2)
 	l := c.Keys()
@@ -148,7 +149,7 @@ func TestKeysAreNew(t *testing.T) {
 
 // R1: a cache that New did not make.
 func TestZero(t *testing.T) {
-	var c Cache
+	var c cache.Cache
 	c.Put(1, 1)
 	if _, ok := c.Get(1); ok || c.Drop(1) || len(c.Keys()) > 0 {
 		t.Error("it has a key")

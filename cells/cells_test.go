@@ -1,4 +1,4 @@
-package cells
+package cells_test
 
 import (
 	"maps"
@@ -7,6 +7,7 @@ import (
 	"testing"
 
 	"throng/api"
+	"throng/cells"
 	"throng/vec"
 )
 
@@ -24,7 +25,7 @@ func slow(at map[int]api.Vec, p api.Vec, r int64) []int {
 // P16.1, P16.2, P16.3: near and far, against a map.
 func TestAgainstMap(t *testing.T) {
 	for _, spread := range []uint{50, 44, 40, 20, 1, 0} {
-		c := New()
+		c := cells.New()
 		at := map[int]api.Vec{}
 		seed := uint64(spread)
 		next := func() int64 {
@@ -58,7 +59,7 @@ func TestAgainstMap(t *testing.T) {
 
 // P16.2: at the edge of what numbers hold.
 func TestEdges(t *testing.T) {
-	c := New()
+	c := cells.New()
 	at := map[int]api.Vec{}
 	numbers := []int64{math.MinInt64, -api.Most, -1, 0, 1, api.Most - 1, api.Most, 1 << 17, 1<<17 - 1}
 	for i, x := range numbers {
@@ -82,7 +83,7 @@ func TestEdges(t *testing.T) {
 
 // P16.2: the border itself is not near.
 func TestBorder(t *testing.T) {
-	c := New()
+	c := cells.New()
 	c.Put(1, api.Vec{})
 	c.Put(2, api.Vec{X: 3, Y: 4})
 	if l := c.Near(api.Vec{}, 5); !slices.Equal(l, []int{1}) {
@@ -98,7 +99,7 @@ func TestBorder(t *testing.T) {
 
 // P16.1
 func TestPutReplaces(t *testing.T) {
-	c := New()
+	c := cells.New()
 	c.Put(-5, api.Vec{X: 1})
 	c.Put(-5, api.Vec{X: 90 * api.One})
 	if l := c.Near(api.Vec{}, api.One); len(l) > 0 || c.Count() != 1 {
@@ -114,7 +115,7 @@ func TestPutReplaces(t *testing.T) {
 
 // R2
 func TestNearIsNew(t *testing.T) {
-	c := New()
+	c := cells.New()
 	for id := range 5 {
 		c.Put(id, api.Vec{})
 	}
@@ -127,7 +128,7 @@ func TestNearIsNew(t *testing.T) {
 
 // R1: an index that New did not make.
 func TestZero(t *testing.T) {
-	var c Cells
+	var c cells.Cells
 	if _, ok := c.At(1); ok || c.Remove(1) || c.Count() != 0 || len(c.Near(api.Vec{}, 5)) > 0 {
 		t.Error("it holds something")
 	}

@@ -1,10 +1,11 @@
-package clear
+package clear_test
 
 import (
 	"slices"
 	"testing"
 
 	"throng/api"
+	"throng/clear"
 	"throng/kind"
 )
 
@@ -56,8 +57,8 @@ func TestOpenAndGrid(t *testing.T) {
 	for seed, s := range [][2]int{{1, 1}, {3, 3}, {20, 20}, {1, 9}, {9, 1}, {2, 7}, {17, 12}, {30, 25}} {
 		g, l := land(s[0], s[1], seed)
 		for class := range 3 {
-			is, e := Open(g, l, class)
-			grid, f := Grid(g, l, class)
+			is, e := clear.Open(g, l, class)
+			grid, f := clear.Grid(g, l, class)
 			if e != api.OK || f != api.OK || len(is) != len(g.Tiles) || len(grid) != len(g.Tiles) {
 				t.Fatalf("%v: %d, %d", s, e, f)
 			}
@@ -87,11 +88,11 @@ func smooth(t *testing.T, g api.Ground, grid []int, x, y int) {
 // P9.1
 func TestExample(t *testing.T) {
 	g, _ := land(3, 3, 0)
-	if grid, e := Grid(g, nil, api.Foot); e != api.OK || !slices.Equal(grid, []int{1, 1, 1, 1, 2, 1, 1, 1, 1}) {
+	if grid, e := clear.Grid(g, nil, api.Foot); e != api.OK || !slices.Equal(grid, []int{1, 1, 1, 1, 2, 1, 1, 1, 1}) {
 		t.Errorf("Grid %v, %d", grid, e)
 	}
 	l := []api.Building{{ID: 1, Owner: 1, W: 1, H: 1}}
-	if grid, e := Grid(g, l, api.Foot); e != api.OK || !slices.Equal(grid, []int{0, 1, 1, 1, 1, 1, 1, 1, 1}) {
+	if grid, e := clear.Grid(g, l, api.Foot); e != api.OK || !slices.Equal(grid, []int{0, 1, 1, 1, 1, 1, 1, 1, 1}) {
 		t.Errorf("Grid with a building %v, %d", grid, e)
 	}
 }
@@ -105,10 +106,10 @@ func TestWrong(t *testing.T) {
 		l     []api.Building
 		class int
 	}{{api.Ground{}, nil, 0}, {api.Ground{W: 1, H: 1, Tiles: []byte{6}}, nil, 0}, {g, twice, 0}, {g, l, -1}, {g, l, 3}, {g, nil, 1 << 40}} {
-		if r, e := Open(c.g, c.l, c.class); len(r) > 0 || e != api.ErrForm {
+		if r, e := clear.Open(c.g, c.l, c.class); len(r) > 0 || e != api.ErrForm {
 			t.Errorf("Open %v, %d", r, e)
 		}
-		if r, e := Grid(c.g, c.l, c.class); len(r) > 0 || e != api.ErrForm {
+		if r, e := clear.Grid(c.g, c.l, c.class); len(r) > 0 || e != api.ErrForm {
 			t.Errorf("Grid %v, %d", r, e)
 		}
 	}

@@ -1,16 +1,17 @@
-package codec
+package codec_test
 
 import (
 	"bytes"
 	"testing"
 
 	"throng/api"
+	"throng/codec"
 	"throng/fnv"
 )
 
 // written returns an encoding with two hashes.
 func written() []byte {
-	var w Writer
+	var w codec.Writer
 	w.Add('A', 'B')
 	w.Num(300)
 	w.Int(-7)
@@ -22,8 +23,8 @@ func written() []byte {
 }
 
 // read reads it.
-func read(b []byte) *Reader {
-	r := Open(b)
+func read(b []byte) *codec.Reader {
+	r := codec.Open(b)
 	r.Sign('A', 'B')
 	r.Num(0, 300)
 	r.Int(-7, 7)
@@ -40,15 +41,15 @@ func TestWriteAndRead(t *testing.T) {
 	if r := read(b); r.Error() != api.OK || r.Size() != len(b) {
 		t.Fatalf("error %d, size %d", r.Error(), r.Size())
 	}
-	end := len(b) - word
+	end := len(b) - 8
 	sum := fnv.Sum(fnv.Start(), b[:end])
 	for i, x := range b[end:] {
 		if x != byte(sum>>(8*i)) {
 			t.Fatalf("byte %d of the hash is %d", i, x)
 		}
 	}
-	if word := b[end-8 : end]; !bytes.Equal(word, []byte{8, 7, 6, 5, 4, 3, 2, 1}) {
-		t.Fatalf("a word is written as %v", word)
+	if w := b[end-8 : end]; !bytes.Equal(w, []byte{8, 7, 6, 5, 4, 3, 2, 1}) {
+		t.Fatalf("a word is written as %v", w)
 	}
 }
 
@@ -75,15 +76,15 @@ func TestRanges(t *testing.T) {
 		if n < 3 || n > 6 {
 			want = api.ErrForm
 		}
-		r := Open([]byte{byte(n)})
+		r := codec.Open([]byte{byte(n)})
 		if got := r.Num(3, 6); r.Error() != want || want == api.OK && got != n || want != api.OK && got != 0 {
 			t.Errorf("Num of %d: %d, %d", n, got, r.Error())
 		}
-		r = Open([]byte{byte(2 * n)})
+		r = codec.Open([]byte{byte(2 * n)})
 		if got := r.Int(3, 6); r.Error() != want || want == api.OK && got != n {
 			t.Errorf("Int of %d: %d, %d", n, got, r.Error())
 		}
-		r = Open([]byte{byte(n)})
+		r = codec.Open([]byte{byte(n)})
 		if got := r.Byte(3, 6); r.Error() != want || want == api.OK && got != byte(n) {
 			t.Errorf("Byte of %d: %d, %d", n, got, r.Error())
 		}
@@ -91,7 +92,7 @@ func TestRanges(t *testing.T) {
 }
 
 func TestFirstErrorStays(t *testing.T) {
-	r := Open([]byte{1, 2})
+	r := codec.Open([]byte{1, 2})
 	r.Fail()
 	r.Byte(0, 255)
 	r.Num(0, 9)

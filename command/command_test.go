@@ -1,4 +1,4 @@
-package command
+package command_test
 
 import (
 	"bytes"
@@ -8,6 +8,7 @@ import (
 	"testing"
 
 	"throng/api"
+	"throng/command"
 )
 
 // list returns n ascending IDs.
@@ -133,21 +134,21 @@ func equal(a, b api.Command) bool {
 // P22.1, P22.2
 func TestGood(t *testing.T) {
 	for _, c := range good() {
-		if e := Check(c); e != api.OK {
+		if e := command.Check(c); e != api.OK {
 			t.Errorf("Check(%v) %d", c, e)
 		}
-		b, e := Bytes(c)
+		b, e := command.Bytes(c)
 		if e != api.OK || !bytes.Equal(b, encoded(c)) {
 			t.Fatalf("Bytes(%v) %v, %d, want %v", c, b, e, encoded(c))
 		}
-		if x, size, e := Parse(append(b, 0x80, 1)); e != api.OK || size != len(b) || !equal(x, c) {
+		if x, size, e := command.Parse(append(b, 0x80, 1)); e != api.OK || size != len(b) || !equal(x, c) {
 			t.Fatalf("Parse of Bytes(%v) %v, %d, %d", c, x, size, e)
 		}
 		for i := range b {
 			refused(t, b[:i], api.ErrCut)
 		}
 	}
-	if b, _ := Bytes(api.Command{Kind: api.CmdStop, Player: 1, Seq: 2, Units: []int{5}}); !bytes.Equal(b, []byte{3, 1, 2, 1, 5}) {
+	if b, _ := command.Bytes(api.Command{Kind: api.CmdStop, Player: 1, Seq: 2, Units: []int{5}}); !bytes.Equal(b, []byte{3, 1, 2, 1, 5}) {
 		t.Errorf("Bytes of the example %v", b)
 	}
 }
@@ -155,10 +156,10 @@ func TestGood(t *testing.T) {
 // P22.1
 func TestBad(t *testing.T) {
 	for _, c := range bad() {
-		if e := Check(c); e != api.ErrForm {
+		if e := command.Check(c); e != api.ErrForm {
 			t.Errorf("Check(%v) %d", c, e)
 		}
-		if b, e := Bytes(c); len(b) > 0 || e != api.ErrForm {
+		if b, e := command.Bytes(c); len(b) > 0 || e != api.ErrForm {
 			t.Errorf("Bytes(%v) %v, %d", c, b, e)
 		}
 	}
@@ -166,7 +167,7 @@ func TestBad(t *testing.T) {
 
 func refused(t *testing.T, b []byte, want api.Errno) {
 	t.Helper()
-	if c, size, e := Parse(b); e != want || size != 0 || !equal(c, api.Command{}) {
+	if c, size, e := command.Parse(b); e != want || size != 0 || !equal(c, api.Command{}) {
 		t.Errorf("Parse(%v) %v, %d, %d, want %d", b, c, size, e, want)
 	}
 }
@@ -202,9 +203,9 @@ func TestFirstFault(t *testing.T) {
 // R2
 func TestParseIsNew(t *testing.T) {
 	c := api.Command{Kind: api.CmdStop, Player: 1, Units: []int{5, 6, 7}}
-	b, _ := Bytes(c)
-	x, _, _ := Parse(b)
-	y, _, _ := Parse(b)
+	b, _ := command.Bytes(c)
+	x, _, _ := command.Parse(b)
+	y, _, _ := command.Parse(b)
 	clear(x.Units[:cap(x.Units)])
 	if !equal(y, c) || !bytes.Equal(b, encoded(c)) {
 		t.Error("two answers share their Units")

@@ -1,4 +1,4 @@
-package disc
+package disc_test
 
 import (
 	"math"
@@ -7,6 +7,7 @@ import (
 
 	"throng/api"
 	"throng/clear"
+	"throng/disc"
 	"throng/field"
 	"throng/ground"
 	"throng/vec"
@@ -65,7 +66,7 @@ func TestMeets(t *testing.T) {
 	for _, p := range places(g) {
 		for _, r := range radii() {
 			for i := range g.Tiles {
-				if is, e := Meets(g, i, p, r); is != meets(g, i, p, r) || e != api.OK {
+				if is, e := disc.Meets(g, i, p, r); is != meets(g, i, p, r) || e != api.OK {
 					t.Fatalf("Meets(%d, %v, %d) %v, %d", i, p, r, is, e)
 				}
 			}
@@ -73,16 +74,16 @@ func TestMeets(t *testing.T) {
 	}
 	c, _ := ground.Center(g, 7)
 	for _, r := range radii() {
-		if is, _ := Meets(g, 7, c, r); is != (r > 0) {
+		if is, _ := disc.Meets(g, 7, c, r); is != (r > 0) {
 			t.Errorf("the centre with radius %d: %v", r, is)
 		}
 	}
 	// The corner of tile 0 is at a distance of 5000.
 	p := api.Vec{X: api.One + 3000, Y: api.One + 4000}
-	if is, _ := Meets(g, 0, p, 5000); is {
+	if is, _ := disc.Meets(g, 0, p, 5000); is {
 		t.Error("a disc that touches a corner")
 	}
-	if is, _ := Meets(g, 0, p, 5001); !is {
+	if is, _ := disc.Meets(g, 0, p, 5001); !is {
 		t.Error("a disc over a corner")
 	}
 }
@@ -101,7 +102,7 @@ func TestFree(t *testing.T) {
 							want = false
 						}
 					}
-					if is, e := Free(g, l, class, p, r); is != want || e != api.OK {
+					if is, e := disc.Free(g, l, class, p, r); is != want || e != api.OK {
 						t.Fatalf("%v: Free(%d, %v, %d) %v, %d", s, class, p, r, is, e)
 					}
 				}
@@ -119,14 +120,14 @@ func TestApart(t *testing.T) {
 		for _, q := range l {
 			for _, r := range numbers {
 				for _, s := range numbers {
-					if is := Apart(p, r, q, s); is != !vec.Within(p, q, counted(r)+counted(s)) {
+					if is := disc.Apart(p, r, q, s); is != !vec.Within(p, q, counted(r)+counted(s)) {
 						t.Fatalf("Apart(%v, %d, %v, %d) %v", p, r, q, s, is)
 					}
 				}
 			}
 		}
 	}
-	if !Apart(api.Vec{}, 0, api.Vec{}, -5) || Apart(api.Vec{}, 1, api.Vec{}, 0) || !Apart(api.Vec{X: 5}, 2, api.Vec{}, 3) || Apart(api.Vec{X: 5}, 3, api.Vec{}, 3) {
+	if !disc.Apart(api.Vec{}, 0, api.Vec{}, -5) || disc.Apart(api.Vec{}, 1, api.Vec{}, 0) || !disc.Apart(api.Vec{X: 5}, 2, api.Vec{}, 3) || disc.Apart(api.Vec{X: 5}, 3, api.Vec{}, 3) {
 		t.Error("Apart of small discs")
 	}
 }
@@ -142,25 +143,25 @@ func TestWrong(t *testing.T) {
 	for _, c := range []call{{api.Ground{}, api.Vec{}, 0}, {g, api.Vec{}, -1}, {g, api.Vec{}, 4*api.One + 1}, {g, api.Vec{}, math.MinInt64}, {g, api.Vec{X: 1<<40 + 1}, 0},
 		{g, api.Vec{Y: 1<<40 + 1}, 0}, {g, api.Vec{X: -1<<40 - 1}, 0}, {g, api.Vec{Y: -1<<40 - 1}, 0}, {g, api.Vec{X: math.MinInt64}, 0}, {g, api.Vec{Y: math.MaxInt64}, 0}} {
 		for _, i := range []int{0, -1, 99} {
-			if is, e := Meets(c.g, i, c.p, c.r); is || e != api.ErrForm {
+			if is, e := disc.Meets(c.g, i, c.p, c.r); is || e != api.ErrForm {
 				t.Errorf("Meets(%v, %d) %v, %d", c, i, is, e)
 			}
 		}
-		if is, e := Free(c.g, l, 0, c.p, c.r); is || e != api.ErrForm {
+		if is, e := disc.Free(c.g, l, 0, c.p, c.r); is || e != api.ErrForm {
 			t.Errorf("Free(%v) %v, %d", c, is, e)
 		}
 	}
 	for _, i := range []int{-1, 6, math.MinInt, math.MaxInt} {
-		if is, e := Meets(g, i, api.Vec{}, 0); is || e != api.ErrNone {
+		if is, e := disc.Meets(g, i, api.Vec{}, 0); is || e != api.ErrNone {
 			t.Errorf("Meets at %d: %v, %d", i, is, e)
 		}
 	}
 	for _, class := range []int{-1, 3} {
-		if is, e := Free(g, l, class, api.Vec{}, 0); is || e != api.ErrForm {
+		if is, e := disc.Free(g, l, class, api.Vec{}, 0); is || e != api.ErrForm {
 			t.Errorf("Free for class %d: %v, %d", class, is, e)
 		}
 	}
-	if is, e := Free(g, append(l, l[0]), 0, api.Vec{}, 0); is || e != api.ErrForm {
+	if is, e := disc.Free(g, append(l, l[0]), 0, api.Vec{}, 0); is || e != api.ErrForm {
 		t.Errorf("Free with two buildings on a tile: %v, %d", is, e)
 	}
 }
@@ -174,7 +175,7 @@ func TestGoodTiles(t *testing.T) {
 				good, _ := field.Good(g, l, class, size)
 				for i := range good {
 					c, _ := ground.Center(g, i)
-					if is, _ := Free(g, l, class, c, int64(size)*api.One+api.One/2); good[i] && !is {
+					if is, _ := disc.Free(g, l, class, c, int64(size)*api.One+api.One/2); good[i] && !is {
 						t.Errorf("the disc at tile %d is not free", i)
 					}
 				}

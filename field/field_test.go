@@ -1,4 +1,4 @@
-package field
+package field_test
 
 import (
 	"math"
@@ -7,6 +7,7 @@ import (
 
 	"throng/api"
 	"throng/clear"
+	"throng/field"
 	"throng/ground"
 	"throng/kind"
 )
@@ -87,7 +88,7 @@ func TestAgainstSlow(t *testing.T) {
 		g, l := land(s[0], s[1], seed)
 		for class := range 3 {
 			for size := range 4 {
-				good, e := Good(g, l, class, size)
+				good, e := field.Good(g, l, class, size)
 				grid, _ := clear.Grid(g, l, class)
 				for i := range grid {
 					if e != api.OK || good[i] != (grid[i] > size) {
@@ -95,11 +96,11 @@ func TestAgainstSlow(t *testing.T) {
 					}
 				}
 				for goal := 0; goal < len(good); goal += 1 + len(good)/7 {
-					costs, e := Make(g, l, class, size, goal)
+					costs, e := field.Make(g, l, class, size, goal)
 					if e != api.OK || !slices.Equal(costs, slow(g, good, class, goal)) {
 						t.Fatalf("%v: Make(%d, %d, %d) %v, %d", s, class, size, goal, costs, e)
 					}
-					dirs, e := Dirs(g, l, class, size, goal)
+					dirs, e := field.Dirs(g, l, class, size, goal)
 					if e != api.OK || !slices.Equal(dirs, slowDirs(g, good, class, costs)) {
 						t.Fatalf("%v: Dirs(%d, %d, %d) %v, %d", s, class, size, goal, dirs, e)
 					}
@@ -128,26 +129,26 @@ func follow(t *testing.T, g api.Ground, good []bool, class, goal int, costs, dir
 // P13.1, P13.2
 func TestSmall(t *testing.T) {
 	two := api.Ground{W: 2, H: 1, Tiles: make([]byte, 2)}
-	if l, e := Make(two, nil, api.Foot, 0, 1); !slices.Equal(l, []int{20, 0}) || e != api.OK {
+	if l, e := field.Make(two, nil, api.Foot, 0, 1); !slices.Equal(l, []int{20, 0}) || e != api.OK {
 		t.Errorf("Make %v, %d", l, e)
 	}
-	if l, e := Dirs(two, nil, api.Foot, 0, 1); !slices.Equal(l, []int{1, -1}) || e != api.OK {
+	if l, e := field.Dirs(two, nil, api.Foot, 0, 1); !slices.Equal(l, []int{1, -1}) || e != api.OK {
 		t.Errorf("Dirs %v, %d", l, e)
 	}
 	// A rock at the side forbids the diagonal step.
 	g := api.Ground{W: 2, H: 2, Tiles: []byte{api.Plain, api.Rock, api.Plain, api.Plain}}
-	if l, _ := Make(g, nil, api.Foot, 0, 0); !slices.Equal(l, []int{0, -1, 20, 40}) {
+	if l, _ := field.Make(g, nil, api.Foot, 0, 0); !slices.Equal(l, []int{0, -1, 20, 40}) {
 		t.Errorf("Make at a corner %v", l)
 	}
-	if l, _ := Make(g, nil, api.Foot, 0, 1); !slices.Equal(l, []int{-1, -1, -1, -1}) {
+	if l, _ := field.Make(g, nil, api.Foot, 0, 1); !slices.Equal(l, []int{-1, -1, -1, -1}) {
 		t.Errorf("Make to a rock %v", l)
 	}
-	if l, _ := Dirs(g, nil, api.Foot, 0, 1); !slices.Equal(l, []int{-1, -1, -1, -1}) {
+	if l, _ := field.Dirs(g, nil, api.Foot, 0, 1); !slices.Equal(l, []int{-1, -1, -1, -1}) {
 		t.Errorf("Dirs to a rock %v", l)
 	}
 	// Straight ways come before diagonal ones, and above before right.
 	open := api.Ground{W: 3, H: 3, Tiles: make([]byte, 9)}
-	if l, _ := Dirs(open, nil, api.Foot, 0, 4); !slices.Equal(l, []int{5, 2, 6, 1, -1, 3, 4, 0, 7}) {
+	if l, _ := field.Dirs(open, nil, api.Foot, 0, 4); !slices.Equal(l, []int{5, 2, 6, 1, -1, 3, 4, 0, 7}) {
 		t.Errorf("Dirs to the middle %v", l)
 	}
 }
@@ -163,21 +164,21 @@ func TestWrong(t *testing.T) {
 		goal        int
 	}
 	for _, c := range []call{{api.Ground{}, nil, 0, 0, -1}, {g, twice, 0, 0, 0}, {g, l, -1, 0, 0}, {g, l, 3, 0, 99}, {g, l, 0, -1, 99}, {g, l, 0, 4, 0}, {g, l, 0, math.MaxInt, 0}} {
-		if r, e := Good(c.g, c.l, c.class, c.size); len(r) > 0 || e != api.ErrForm {
+		if r, e := field.Good(c.g, c.l, c.class, c.size); len(r) > 0 || e != api.ErrForm {
 			t.Errorf("Good(%v) %d", c, e)
 		}
-		if r, e := Make(c.g, c.l, c.class, c.size, c.goal); len(r) > 0 || e != api.ErrForm {
+		if r, e := field.Make(c.g, c.l, c.class, c.size, c.goal); len(r) > 0 || e != api.ErrForm {
 			t.Errorf("Make(%v) %d", c, e)
 		}
-		if r, e := Dirs(c.g, c.l, c.class, c.size, c.goal); len(r) > 0 || e != api.ErrForm {
+		if r, e := field.Dirs(c.g, c.l, c.class, c.size, c.goal); len(r) > 0 || e != api.ErrForm {
 			t.Errorf("Dirs(%v) %d", c, e)
 		}
 	}
 	for _, goal := range []int{-1, 81, math.MinInt, math.MaxInt} {
-		if r, e := Make(g, l, 0, 0, goal); len(r) > 0 || e != api.ErrNone {
+		if r, e := field.Make(g, l, 0, 0, goal); len(r) > 0 || e != api.ErrNone {
 			t.Errorf("Make to %d: %d", goal, e)
 		}
-		if r, e := Dirs(g, l, 0, 0, goal); len(r) > 0 || e != api.ErrNone {
+		if r, e := field.Dirs(g, l, 0, 0, goal); len(r) > 0 || e != api.ErrNone {
 			t.Errorf("Dirs to %d: %d", goal, e)
 		}
 	}

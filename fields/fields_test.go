@@ -1,4 +1,4 @@
-package fields
+package fields_test
 
 import (
 	"bytes"
@@ -8,6 +8,7 @@ import (
 
 	"throng/api"
 	"throng/field"
+	"throng/fields"
 )
 
 // land returns a ground with some of every terrain, and buildings on it.
@@ -24,9 +25,9 @@ func land(w, h, seed int) (api.Ground, []api.Building) {
 	return g, []api.Building{{ID: 1, Owner: 1, X: 5, W: 1, H: 1}, {ID: 3, Owner: 2, X: 6, W: 1, H: 1}}
 }
 
-func opened(t *testing.T, room int) *Fields {
+func opened(t *testing.T, room int) *fields.Fields {
 	t.Helper()
-	f, e := New(room)
+	f, e := fields.New(room)
 	if f == nil || e != api.OK || f.Made() != 0 {
 		t.Fatalf("New(%d) %v, %d", room, f, e)
 	}
@@ -34,7 +35,7 @@ func opened(t *testing.T, room int) *Fields {
 }
 
 // ask asks for a field, and whether it is right.
-func ask(t *testing.T, f *Fields, g api.Ground, l []api.Building, class, size, goal int) {
+func ask(t *testing.T, f *fields.Fields, g api.Ground, l []api.Building, class, size, goal int) {
 	t.Helper()
 	got, e := f.Dirs(g, l, class, size, goal)
 	want, w := field.Dirs(g, l, class, size, goal)
@@ -44,7 +45,7 @@ func ask(t *testing.T, f *Fields, g api.Ground, l []api.Building, class, size, g
 }
 
 // made asks how many fields were computed.
-func made(t *testing.T, f *Fields, want int) {
+func made(t *testing.T, f *fields.Fields, want int) {
 	t.Helper()
 	if f.Made() != want {
 		t.Fatalf("Made %d, want %d", f.Made(), want)
@@ -57,7 +58,7 @@ func TestNew(t *testing.T) {
 		opened(t, room)
 	}
 	for _, room := range []int{0, -1, api.MaxUnits + 1, math.MinInt, math.MaxInt} {
-		if f, e := New(room); f != nil || e != api.ErrForm {
+		if f, e := fields.New(room); f != nil || e != api.ErrForm {
 			t.Errorf("New(%d) %v, %d", room, f, e)
 		}
 	}
@@ -156,7 +157,7 @@ func TestNothingShared(t *testing.T) {
 // R1: an object that New did not make.
 func TestZero(t *testing.T) {
 	g, l := land(12, 10, 4)
-	var f Fields
+	var f fields.Fields
 	ask(t, &f, g, l, 0, 0, 9)
 	f.Forget()
 	ask(t, &f, g, l, 0, 0, 9)

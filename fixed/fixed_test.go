@@ -1,4 +1,4 @@
-package fixed
+package fixed_test
 
 import (
 	"math"
@@ -6,6 +6,7 @@ import (
 	"testing"
 
 	"throng/api"
+	"throng/fixed"
 )
 
 // some returns numbers at the edges and a few hundred without a pattern.
@@ -56,14 +57,14 @@ func same(t *testing.T, what string, a, b, got, want int64) {
 func TestArithmetic(t *testing.T) {
 	one := big.NewInt(api.One)
 	for _, a := range some() {
-		same(t, "Neg", a, 0, Neg(a), cut(new(big.Int).Neg(large(a))))
+		same(t, "Neg", a, 0, fixed.Neg(a), cut(new(big.Int).Neg(large(a))))
 		for _, b := range some() {
 			x, y := large(a), large(b)
-			same(t, "Add", a, b, Add(a, b), cut(new(big.Int).Add(x, y)))
-			same(t, "Sub", a, b, Sub(a, b), cut(new(big.Int).Sub(x, y)))
-			same(t, "Mul", a, b, Mul(a, b), cut(down(new(big.Int).Mul(x, y), one)))
+			same(t, "Add", a, b, fixed.Add(a, b), cut(new(big.Int).Add(x, y)))
+			same(t, "Sub", a, b, fixed.Sub(a, b), cut(new(big.Int).Sub(x, y)))
+			same(t, "Mul", a, b, fixed.Mul(a, b), cut(down(new(big.Int).Mul(x, y), one)))
 			if b != 0 {
-				same(t, "Div", a, b, Div(a, b), cut(down(new(big.Int).Mul(x, one), y)))
+				same(t, "Div", a, b, fixed.Div(a, b), cut(down(new(big.Int).Mul(x, one), y)))
 			}
 		}
 	}
@@ -72,30 +73,30 @@ func TestArithmetic(t *testing.T) {
 // P1.1
 func TestDivByZero(t *testing.T) {
 	for _, c := range [][2]int64{{1, api.Most}, {api.Most, api.Most}, {-1, -api.Most}, {math.MinInt64, -api.Most}, {0, 0}} {
-		same(t, "Div", c[0], 0, Div(c[0], 0), c[1])
+		same(t, "Div", c[0], 0, fixed.Div(c[0], 0), c[1])
 	}
 }
 
 // P1.1
 func TestRounding(t *testing.T) {
-	same(t, "Mul", 3*api.One/2, 3*api.One/2, Mul(3*api.One/2, 3*api.One/2), 9*api.One/4)
-	same(t, "Mul", -1, 1, Mul(-1, 1), -1)
-	same(t, "Mul", 1, 1, Mul(1, 1), 0)
-	same(t, "Mul", -1, api.One, Mul(-1, api.One), -1)
-	same(t, "Div", -1, 3*api.One, Div(-1, 3*api.One), -1)
-	same(t, "Div", 1, 3*api.One, Div(1, 3*api.One), 0)
-	same(t, "Div", api.One, -2*api.One, Div(api.One, -2*api.One), -api.One/2)
+	same(t, "Mul", 3*api.One/2, 3*api.One/2, fixed.Mul(3*api.One/2, 3*api.One/2), 9*api.One/4)
+	same(t, "Mul", -1, 1, fixed.Mul(-1, 1), -1)
+	same(t, "Mul", 1, 1, fixed.Mul(1, 1), 0)
+	same(t, "Mul", -1, api.One, fixed.Mul(-1, api.One), -1)
+	same(t, "Div", -1, 3*api.One, fixed.Div(-1, 3*api.One), -1)
+	same(t, "Div", 1, 3*api.One, fixed.Div(1, 3*api.One), 0)
+	same(t, "Div", api.One, -2*api.One, fixed.Div(api.One, -2*api.One), -api.One/2)
 }
 
 // P1.1
 func TestCutOff(t *testing.T) {
-	same(t, "Add", api.Most, 1, Add(api.Most, 1), api.Most)
-	same(t, "Add", math.MinInt64, -1, Add(math.MinInt64, -1), -api.Most)
-	same(t, "Add", math.MinInt64, 0, Add(math.MinInt64, 0), -api.Most)
-	same(t, "Sub", 0, math.MinInt64, Sub(0, math.MinInt64), api.Most)
-	same(t, "Neg", math.MinInt64, 0, Neg(math.MinInt64), api.Most)
-	same(t, "Mul", api.Most, -api.Most, Mul(api.Most, -api.Most), -api.Most)
-	same(t, "Div", math.MinInt64, 1, Div(math.MinInt64, 1), -api.Most)
+	same(t, "Add", api.Most, 1, fixed.Add(api.Most, 1), api.Most)
+	same(t, "Add", math.MinInt64, -1, fixed.Add(math.MinInt64, -1), -api.Most)
+	same(t, "Add", math.MinInt64, 0, fixed.Add(math.MinInt64, 0), -api.Most)
+	same(t, "Sub", 0, math.MinInt64, fixed.Sub(0, math.MinInt64), api.Most)
+	same(t, "Neg", math.MinInt64, 0, fixed.Neg(math.MinInt64), api.Most)
+	same(t, "Mul", api.Most, -api.Most, fixed.Mul(api.Most, -api.Most), -api.Most)
+	same(t, "Div", math.MinInt64, 1, fixed.Div(math.MinInt64, 1), -api.Most)
 }
 
 // P1.2
@@ -105,19 +106,19 @@ func TestSqrt(t *testing.T) {
 		if a > 0 {
 			want.Sqrt(want.Mul(large(a), big.NewInt(api.One)))
 		}
-		same(t, "Sqrt", a, 0, Sqrt(a), want.Int64())
+		same(t, "Sqrt", a, 0, fixed.Sqrt(a), want.Int64())
 	}
-	same(t, "Sqrt", 4*api.One, 0, Sqrt(4*api.One), 2*api.One)
+	same(t, "Sqrt", 4*api.One, 0, fixed.Sqrt(4*api.One), 2*api.One)
 }
 
 // P1.2
 func TestCmp(t *testing.T) {
 	for _, a := range some() {
 		for _, b := range some() {
-			same(t, "Cmp", a, b, int64(Cmp(a, b)), int64(large(a).Cmp(large(b))))
+			same(t, "Cmp", a, b, int64(fixed.Cmp(a, b)), int64(large(a).Cmp(large(b))))
 		}
 	}
-	same(t, "Cmp", math.MinInt64, -api.Most, int64(Cmp(math.MinInt64, -api.Most)), 0)
+	same(t, "Cmp", math.MinInt64, -api.Most, int64(fixed.Cmp(math.MinInt64, -api.Most)), 0)
 }
 
 // P1.3
@@ -125,7 +126,7 @@ func TestOrder(t *testing.T) {
 	for _, a := range some() {
 		for _, b := range some() {
 			for _, c := range []int64{math.MinInt64, -api.Most, -1, 0, 1, 1 << 62, api.Most} {
-				if a <= b && Add(a, c) > Add(b, c) {
+				if a <= b && fixed.Add(a, c) > fixed.Add(b, c) {
 					t.Errorf("Add(%d, %d) is above Add(%d, %d)", a, c, b, c)
 				}
 			}

@@ -1,8 +1,10 @@
-package fnv
+package fnv_test
 
 import (
-	"hash/fnv"
+	standard "hash/fnv"
 	"testing"
+
+	"throng/fnv"
 )
 
 // some returns n bytes without a pattern.
@@ -18,21 +20,21 @@ func some(n int) []byte {
 
 // P3.1
 func TestSum(t *testing.T) {
-	if Start() != 14695981039346656037 {
-		t.Errorf("Start %d", Start())
+	if fnv.Start() != 14695981039346656037 {
+		t.Errorf("Start %d", fnv.Start())
 	}
 	for n := range 300 {
 		b := some(n)
-		h := fnv.New64a()
+		h := standard.New64a()
 		h.Write(b)
-		if got := Sum(Start(), b); got != h.Sum64() {
+		if got := fnv.Sum(fnv.Start(), b); got != h.Sum64() {
 			t.Fatalf("Sum of %d bytes is %x, want %x", n, got, h.Sum64())
 		}
 	}
-	if got := Sum(Start(), []byte("a")); got != 0xaf63dc4c8601ec8c {
+	if got := fnv.Sum(fnv.Start(), []byte("a")); got != 0xaf63dc4c8601ec8c {
 		t.Errorf("Sum of \"a\" is %x", got)
 	}
-	if Sum(7, nil) != 7 || Sum(0, []byte{1}) != 1099511628211 {
+	if fnv.Sum(7, nil) != 7 || fnv.Sum(0, []byte{1}) != 1099511628211 {
 		t.Error("Sum does not continue s")
 	}
 }
@@ -41,7 +43,7 @@ func TestSum(t *testing.T) {
 func TestParts(t *testing.T) {
 	b := some(100)
 	for i := range len(b) + 1 {
-		if Sum(Sum(Start(), b[:i]), b[i:]) != Sum(Start(), b) {
+		if fnv.Sum(fnv.Sum(fnv.Start(), b[:i]), b[i:]) != fnv.Sum(fnv.Start(), b) {
 			t.Fatalf("cut at %d", i)
 		}
 	}

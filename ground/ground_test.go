@@ -1,4 +1,4 @@
-package ground
+package ground_test
 
 import (
 	"math"
@@ -6,6 +6,7 @@ import (
 	"testing"
 
 	"throng/api"
+	"throng/ground"
 )
 
 func plain(w, h int) api.Ground { return api.Ground{W: w, H: h, Tiles: make([]byte, w*h)} }
@@ -31,13 +32,13 @@ func TestCheck(t *testing.T) {
 		g := plain(s[0], s[1])
 		for terrain := range 256 {
 			g.Tiles[len(g.Tiles)-1] = byte(terrain)
-			if e := Check(g); (e == api.OK) != (terrain <= api.Rock) || e != api.OK && e != api.ErrForm {
+			if e := ground.Check(g); (e == api.OK) != (terrain <= api.Rock) || e != api.OK && e != api.ErrForm {
 				t.Errorf("Check with terrain %d: %d", terrain, e)
 			}
 		}
 	}
 	for i, g := range invalid() {
-		if e := Check(g); e != api.ErrForm {
+		if e := ground.Check(g); e != api.ErrForm {
 			t.Errorf("invalid ground %d: %d", i, e)
 		}
 	}
@@ -47,19 +48,19 @@ func TestCheck(t *testing.T) {
 func TestInvalidGround(t *testing.T) {
 	for i, g := range invalid() {
 		for _, n := range []int{0, -1, 1 << 40} {
-			if r, e := Tile(g, n, n); r != 0 || e != api.ErrForm {
+			if r, e := ground.Tile(g, n, n); r != 0 || e != api.ErrForm {
 				t.Errorf("%d: Tile %d, %d", i, r, e)
 			}
-			if x, y, e := XY(g, n); x != 0 || y != 0 || e != api.ErrForm {
+			if x, y, e := ground.XY(g, n); x != 0 || y != 0 || e != api.ErrForm {
 				t.Errorf("%d: XY %d, %d, %d", i, x, y, e)
 			}
-			if p, e := Center(g, n); p != (api.Vec{}) || e != api.ErrForm {
+			if p, e := ground.Center(g, n); p != (api.Vec{}) || e != api.ErrForm {
 				t.Errorf("%d: Center %v, %d", i, p, e)
 			}
-			if r, e := Of(g, api.Vec{X: int64(n), Y: int64(n)}); r != 0 || e != api.ErrForm {
+			if r, e := ground.Of(g, api.Vec{X: int64(n), Y: int64(n)}); r != 0 || e != api.ErrForm {
 				t.Errorf("%d: Of %d, %d", i, r, e)
 			}
-			if l, e := Near(g, n); len(l) > 0 || e != api.ErrForm {
+			if l, e := ground.Near(g, n); len(l) > 0 || e != api.ErrForm {
 				t.Errorf("%d: Near %v, %d", i, l, e)
 			}
 		}
@@ -72,18 +73,18 @@ func TestTiles(t *testing.T) {
 		g := plain(s[0], s[1])
 		for y := range g.H {
 			for x := range g.W {
-				n, e := Tile(g, x, y)
+				n, e := ground.Tile(g, x, y)
 				if n != x+g.W*y || e != api.OK {
 					t.Fatalf("Tile(%d, %d) %d, %d", x, y, n, e)
 				}
-				if a, b, e := XY(g, n); a != x || b != y || e != api.OK {
+				if a, b, e := ground.XY(g, n); a != x || b != y || e != api.OK {
 					t.Fatalf("XY(%d) %d, %d, %d", n, a, b, e)
 				}
-				p, e := Center(g, n)
+				p, e := ground.Center(g, n)
 				if p != (api.Vec{X: int64(x)*65536 + 32768, Y: int64(y)*65536 + 32768}) || e != api.OK {
 					t.Fatalf("Center(%d) %v, %d", n, p, e)
 				}
-				if m, e := Of(g, p); m != n || e != api.OK {
+				if m, e := ground.Of(g, p); m != n || e != api.OK {
 					t.Fatalf("Of the centre of %d is %d, %d", n, m, e)
 				}
 			}
@@ -95,18 +96,18 @@ func TestTiles(t *testing.T) {
 func TestNoTile(t *testing.T) {
 	g := plain(3, 2)
 	for _, c := range [][2]int{{-1, 0}, {3, 0}, {0, -1}, {0, 2}, {math.MinInt, 0}, {math.MaxInt, math.MaxInt}} {
-		if n, e := Tile(g, c[0], c[1]); n != 0 || e != api.ErrNone {
+		if n, e := ground.Tile(g, c[0], c[1]); n != 0 || e != api.ErrNone {
 			t.Errorf("Tile(%v) %d, %d", c, n, e)
 		}
 	}
 	for _, n := range []int{-1, 6, math.MinInt, math.MaxInt} {
-		if x, y, e := XY(g, n); x != 0 || y != 0 || e != api.ErrNone {
+		if x, y, e := ground.XY(g, n); x != 0 || y != 0 || e != api.ErrNone {
 			t.Errorf("XY(%d) %d, %d, %d", n, x, y, e)
 		}
-		if p, e := Center(g, n); p != (api.Vec{}) || e != api.ErrNone {
+		if p, e := ground.Center(g, n); p != (api.Vec{}) || e != api.ErrNone {
 			t.Errorf("Center(%d) %v, %d", n, p, e)
 		}
-		if l, e := Near(g, n); len(l) > 0 || e != api.ErrNone {
+		if l, e := ground.Near(g, n); len(l) > 0 || e != api.ErrNone {
 			t.Errorf("Near(%d) %v, %d", n, l, e)
 		}
 	}
@@ -132,7 +133,7 @@ func TestOf(t *testing.T) {
 		{api.Vec{X: math.MinInt64, Y: math.MinInt64}, 0, api.ErrNone},
 		{api.Vec{X: math.MaxInt64, Y: math.MaxInt64}, 0, api.ErrNone},
 	} {
-		if n, e := Of(g, c.p); n != c.want || e != c.e {
+		if n, e := ground.Of(g, c.p); n != c.want || e != c.e {
 			t.Errorf("Of(%v) %d, %d", c.p, n, e)
 		}
 	}
@@ -146,18 +147,18 @@ func TestNear(t *testing.T) {
 		for n := 0; n < g.W*g.H; n += 1 + g.W*g.H/200 {
 			var want []int
 			for _, d := range ways {
-				m, e := Tile(g, n%g.W+d[0], n/g.W+d[1])
+				m, e := ground.Tile(g, n%g.W+d[0], n/g.W+d[1])
 				if e != api.OK {
 					m = -1
 				}
 				want = append(want, m)
 			}
-			if l, e := Near(g, n); !slices.Equal(l, want) || e != api.OK {
+			if l, e := ground.Near(g, n); !slices.Equal(l, want) || e != api.OK {
 				t.Fatalf("Near(%d) %v, %d, want %v", n, l, e, want)
 			}
 		}
 	}
-	if l, _ := Near(plain(3, 2), 0); !slices.Equal(l, []int{-1, 1, 3, -1, -1, 4, -1, -1}) {
+	if l, _ := ground.Near(plain(3, 2), 0); !slices.Equal(l, []int{-1, 1, 3, -1, -1, 4, -1, -1}) {
 		t.Errorf("Near of the example is %v", l)
 	}
 }
@@ -165,9 +166,9 @@ func TestNear(t *testing.T) {
 // R2
 func TestNearIsNew(t *testing.T) {
 	g := plain(3, 3)
-	a, _ := Near(g, 4)
+	a, _ := ground.Near(g, 4)
 	clear(a)
-	if b, _ := Near(g, 4); !slices.Equal(b, []int{1, 5, 7, 3, 2, 8, 6, 0}) {
+	if b, _ := ground.Near(g, 4); !slices.Equal(b, []int{1, 5, 7, 3, 2, 8, 6, 0}) {
 		t.Errorf("Near after a write: %v", b)
 	}
 }

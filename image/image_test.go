@@ -1,4 +1,4 @@
-package image
+package image_test
 
 import (
 	"bytes"
@@ -10,6 +10,7 @@ import (
 
 	"throng/api"
 	"throng/army"
+	"throng/image"
 	"throng/mapcode"
 )
 
@@ -83,7 +84,7 @@ func equal(a, b api.World) bool {
 
 func refused(t *testing.T, b []byte, want api.Errno) {
 	t.Helper()
-	if w, e := Parse(b); e != want || !equal(w, api.World{}) {
+	if w, e := image.Parse(b); e != want || !equal(w, api.World{}) {
 		t.Errorf("Parse(%v) %d, want %d", b[:min(len(b), 30)], e, want)
 	}
 }
@@ -94,14 +95,14 @@ func TestThereAndBack(t *testing.T) {
 		if army.Check(w) != api.OK {
 			t.Fatalf("world %d is not valid", i)
 		}
-		b, e := Bytes(w)
+		b, e := image.Bytes(w)
 		if e != api.OK || !bytes.Equal(b, sealed(plain(w))) {
 			t.Fatalf("Bytes of world %d: %d", i, e)
 		}
-		if h, e := Hash(w); e != api.OK || h != sum(plain(w)) {
+		if h, e := image.Hash(w); e != api.OK || h != sum(plain(w)) {
 			t.Errorf("Hash of world %d: %d, %d", i, h, e)
 		}
-		x, e := Parse(b)
+		x, e := image.Parse(b)
 		if e != api.OK || !equal(x, w) {
 			t.Fatalf("Parse of world %d: %d", i, e)
 		}
@@ -118,10 +119,10 @@ func TestInvalidWorld(t *testing.T) {
 	w := camp()
 	w.Units[0].Stuck = 1
 	for _, w := range []api.World{{}, w} {
-		if b, e := Bytes(w); len(b) > 0 || e != api.ErrForm {
+		if b, e := image.Bytes(w); len(b) > 0 || e != api.ErrForm {
 			t.Errorf("Bytes %d", e)
 		}
-		if h, e := Hash(w); h != 0 || e != api.ErrForm {
+		if h, e := image.Hash(w); h != 0 || e != api.ErrForm {
 			t.Errorf("Hash %d, %d", h, e)
 		}
 	}
@@ -171,14 +172,14 @@ func TestFirstFault(t *testing.T) {
 	for _, b := range [][]byte{nil, []byte("T"), []byte("TW"), num(start, 5, 1, 1), start, num(start, api.MaxBytes), ground, num(ground, 0), num(ground, api.MaxBuilt), num(ground, 0, api.MaxUnits), num(ground, 0, 0)} {
 		refused(t, b, api.ErrCut)
 	}
-	if _, e := Parse(sealed(num(ground, 0, 0))); e != api.OK {
+	if _, e := image.Parse(sealed(num(ground, 0, 0))); e != api.OK {
 		t.Errorf("Parse without faults: %d", e)
 	}
 }
 
 // P26.2
 func TestWrongHash(t *testing.T) {
-	b, _ := Bytes(camp())
+	b, _ := image.Bytes(camp())
 	for i := range 8 {
 		c := bytes.Clone(b)
 		c[len(c)-8+i] ^= 1
@@ -189,7 +190,7 @@ func TestWrongHash(t *testing.T) {
 	for i := range b {
 		c := bytes.Clone(b)
 		c[i] ^= 2
-		if w, e := Parse(c); e == api.OK || !equal(w, api.World{}) {
+		if w, e := image.Parse(c); e == api.OK || !equal(w, api.World{}) {
 			t.Errorf("byte %d changed: %d", i, e)
 		}
 	}

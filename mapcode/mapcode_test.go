@@ -1,4 +1,4 @@
-package mapcode
+package mapcode_test
 
 import (
 	"bytes"
@@ -7,6 +7,7 @@ import (
 	"testing"
 
 	"throng/api"
+	"throng/mapcode"
 )
 
 // mixed returns a ground with all terrains.
@@ -38,11 +39,11 @@ func plain(g api.Ground) []byte {
 // P7.1, P7.2, P7.3
 func TestThereAndBack(t *testing.T) {
 	for _, g := range grounds() {
-		b, e := Bytes(g)
+		b, e := mapcode.Bytes(g)
 		if e != api.OK || !bytes.Equal(b, sealed(plain(g))) {
 			t.Fatalf("Bytes of %d times %d: %d, %v", g.W, g.H, e, b)
 		}
-		x, e := Parse(b)
+		x, e := mapcode.Parse(b)
 		if e != api.OK || x.W != g.W || x.H != g.H || !bytes.Equal(x.Tiles, g.Tiles) {
 			t.Fatalf("Parse of %d times %d: %d", g.W, g.H, e)
 		}
@@ -57,7 +58,7 @@ func TestThereAndBack(t *testing.T) {
 // P7.1
 func TestInvalidGround(t *testing.T) {
 	for _, g := range []api.Ground{{}, {W: 2, H: 1, Tiles: []byte{0}}, {W: 1, H: 1, Tiles: []byte{6}}, {W: 129, H: 1, Tiles: make([]byte, 129)}} {
-		if b, e := Bytes(g); len(b) > 0 || e != api.ErrForm {
+		if b, e := mapcode.Bytes(g); len(b) > 0 || e != api.ErrForm {
 			t.Errorf("Bytes(%v) %v, %d", g, b, e)
 		}
 	}
@@ -65,7 +66,7 @@ func TestInvalidGround(t *testing.T) {
 
 func refused(t *testing.T, b []byte, want api.Errno) {
 	t.Helper()
-	if g, e := Parse(b); e != want || g.W != 0 || g.H != 0 || len(g.Tiles) > 0 {
+	if g, e := mapcode.Parse(b); e != want || g.W != 0 || g.H != 0 || len(g.Tiles) > 0 {
 		t.Errorf("Parse(%v) %v, %d, want %d", b[:min(len(b), 20)], g, e, want)
 	}
 }
@@ -93,7 +94,7 @@ func TestFirstFault(t *testing.T) {
 
 // P7.2
 func TestWrongHash(t *testing.T) {
-	b, _ := Bytes(mixed(3, 2))
+	b, _ := mapcode.Bytes(mixed(3, 2))
 	for i := range 8 {
 		c := bytes.Clone(b)
 		c[len(c)-8+i] ^= 0x40
@@ -104,7 +105,7 @@ func TestWrongHash(t *testing.T) {
 	for i := range b {
 		c := bytes.Clone(b)
 		c[i] ^= 1
-		if g, e := Parse(c); e == api.OK || g.W != 0 {
+		if g, e := mapcode.Parse(c); e == api.OK || g.W != 0 {
 			t.Errorf("byte %d changed: %v, %d", i, g, e)
 		}
 	}
@@ -113,10 +114,10 @@ func TestWrongHash(t *testing.T) {
 // R2
 func TestParseIsNew(t *testing.T) {
 	g := mixed(3, 2)
-	b, _ := Bytes(g)
-	x, _ := Parse(b)
+	b, _ := mapcode.Bytes(g)
+	x, _ := mapcode.Parse(b)
 	clear(x.Tiles)
-	if y, e := Parse(b); e != api.OK || !bytes.Equal(y.Tiles, g.Tiles) {
+	if y, e := mapcode.Parse(b); e != api.OK || !bytes.Equal(y.Tiles, g.Tiles) {
 		t.Error("Parse handed out what it was given")
 	}
 }

@@ -1,4 +1,4 @@
-package move
+package move_test
 
 import (
 	"math"
@@ -9,6 +9,7 @@ import (
 	"throng/copies"
 	"throng/fields"
 	"throng/ground"
+	"throng/move"
 )
 
 func open(t *testing.T, room int) *fields.Fields {
@@ -42,14 +43,14 @@ func TestOneUnit(t *testing.T) {
 				continue
 			}
 			for _, v := range vectors(&d) {
-				x, k, e := Try(w, u.ID, v)
+				x, k, e := move.Try(w, u.ID, v)
 				want, wantK := modelTry(w, i, v)
 				if e != api.OK || k != wantK || !equal(x, want) {
 					t.Fatalf("Try(%v, %v) %d, %d, want %d", u, v, k, e, wantK)
 				}
 				tried[k]++
 			}
-			x, e := Unit(w, u.ID)
+			x, e := move.Unit(w, u.ID)
 			if want := modelUnit(w, i); e != api.OK || !equal(x, want) {
 				t.Fatalf("Unit(%v) %v, %d, want %v", u, x.Units[i], e, want.Units[i])
 			}
@@ -75,8 +76,8 @@ func TestAllUnits(t *testing.T) {
 		few, many := open(t, 1), open(t, 100)
 		for range 60 {
 			kept := copies.World(w)
-			x, e := All(w, few)
-			y, f := All(w, many)
+			x, e := move.All(w, few)
+			y, f := move.All(w, many)
 			want := modelAll(w)
 			if e != api.OK || f != api.OK || !equal(x, want) || !equal(y, want) || !equal(w, kept) {
 				t.Fatalf("round %d: %d, %d", round, e, f)
@@ -99,10 +100,10 @@ func TestAllUnits(t *testing.T) {
 
 func refused(t *testing.T, w api.World, id int, want api.Errno) {
 	t.Helper()
-	if x, k, e := Try(w, id, api.Vec{X: 1}); e != want || k != 0 || !equal(x, api.World{}) {
+	if x, k, e := move.Try(w, id, api.Vec{X: 1}); e != want || k != 0 || !equal(x, api.World{}) {
 		t.Errorf("Try(%d) %d, %d, want %d", id, k, e, want)
 	}
-	if x, e := Unit(w, id); e != want || !equal(x, api.World{}) {
+	if x, e := move.Unit(w, id); e != want || !equal(x, api.World{}) {
 		t.Errorf("Unit(%d) %d, want %d", id, e, want)
 	}
 }
@@ -122,13 +123,13 @@ func TestWrong(t *testing.T) {
 		refused(t, w, id, api.ErrNone)
 	}
 	f := open(t, 1)
-	if x, e := All(w, nil); e != api.ErrForm || !equal(x, api.World{}) {
+	if x, e := move.All(w, nil); e != api.ErrForm || !equal(x, api.World{}) {
 		t.Errorf("All without fields: %d", e)
 	}
 	w.Units[0].State = api.Idle
 	refused(t, w, 1, api.ErrForm)
 	refused(t, w, 99, api.ErrForm)
-	if x, e := All(w, f); e != api.ErrForm || !equal(x, api.World{}) {
+	if x, e := move.All(w, f); e != api.ErrForm || !equal(x, api.World{}) {
 		t.Errorf("All in a wrong world: %d", e)
 	}
 }
@@ -138,12 +139,12 @@ func TestExample(t *testing.T) {
 	w, f := line(3, 1), open(t, 4)
 	goal, _ := ground.Center(w.Ground, 4)
 	for n := range 4 {
-		w, _ = All(w, f)
+		w, _ = move.All(w, f)
 		if u := w.Units[0]; u.State != api.Moving || u.Next != 4 || u.Stuck != 0 || (u.Pos == goal) != (n == 3) {
 			t.Errorf("after %d moves: %v", n+1, u)
 		}
 	}
-	w, _ = All(w, f)
+	w, _ = move.All(w, f)
 	if w.Units[0] != (api.Unit{ID: 1, Owner: 1, Pos: goal, Goal: -1, Next: -1, State: api.Arrived}) {
 		t.Errorf("after five moves: %v", w.Units[0])
 	}
@@ -157,11 +158,11 @@ func TestLost(t *testing.T) {
 	}
 	w.Units[0].Pos.X -= 100
 	w.Units[0].Next, w.Units[0].Stuck = 7, 3
-	w, _ = Unit(w, 1)
+	w, _ = move.Unit(w, 1)
 	if u := w.Units[0]; u.Next != 5 || u.State != api.Moving || u.Stuck != 0 {
 		t.Fatalf("off the centre: %v", u)
 	}
-	w, _ = Unit(w, 1)
+	w, _ = move.Unit(w, 1)
 	if u := w.Units[0]; u.State != api.Lost || u.Goal != -1 || u.Next != -1 {
 		t.Errorf("at the centre: %v", u)
 	}
@@ -174,12 +175,12 @@ func TestGiveUp(t *testing.T) {
 	w.Units[0].Pos, w.Units[0].Goal = api.Vec{X: api.One / 2, Y: api.One / 2}, 3
 	w.Units = append(w.Units, api.Unit{ID: 2, Owner: 1, Kind: 1, Pos: api.Vec{X: api.One/2 + 7*api.One/8, Y: api.One / 2}, Goal: -1, Next: -1})
 	for n := range 7 {
-		w, _ = Unit(w, 1)
+		w, _ = move.Unit(w, 1)
 		if u := w.Units[0]; u.Stuck != n+1 || u.Next != -1 || u.State != api.Moving || u.Goal != 3 {
 			t.Fatalf("after %d moves: %v", n+1, u)
 		}
 	}
-	w, _ = Unit(w, 1)
+	w, _ = move.Unit(w, 1)
 	if u := w.Units[0]; u.Stuck != 0 || u.Next != -1 || u.State != api.GaveUp || u.Goal != -1 {
 		t.Errorf("after eight moves: %v", u)
 	}
@@ -191,16 +192,16 @@ func TestGap(t *testing.T) {
 	w.Units[0] = api.Unit{ID: 1, Owner: 1, Pos: api.Vec{X: 2 * api.One, Y: 3 * api.One / 2}, Goal: -1, Next: -1, State: api.Lost}
 	near := api.Unit{ID: 2, Owner: 1, Pos: api.Vec{X: 2*api.One + 3*api.One/4, Y: 3 * api.One / 2}, Goal: -1, Next: -1}
 	w.Units = append(w.Units, near)
-	x, e := Unit(w, 1)
+	x, e := move.Unit(w, 1)
 	if u := x.Units[0]; e != api.OK || u.Pos != (api.Vec{X: 2*api.One - api.One/16, Y: 3 * api.One / 2}) || u.State != api.Lost {
 		t.Errorf("a unit too near: %v, %d", u, e)
 	}
 	w.Units[1].Pos.X += api.Gap - 1
-	if x, _ = Unit(w, 1); x.Units[0].Pos.X != 2*api.One-1 {
+	if x, _ = move.Unit(w, 1); x.Units[0].Pos.X != 2*api.One-1 {
 		t.Errorf("a unit almost far enough: %v", x.Units[0])
 	}
 	w.Units[1].Pos.X++
-	if x, _ = Unit(w, 1); x.Units[0] != w.Units[0] {
+	if x, _ = move.Unit(w, 1); x.Units[0] != w.Units[0] {
 		t.Errorf("a unit far enough: %v", x.Units[0])
 	}
 }
@@ -209,7 +210,7 @@ func TestGap(t *testing.T) {
 func TestWholeStep(t *testing.T) {
 	w := line(9, 0)
 	for _, v := range []api.Vec{{X: 8 * api.One}, {X: 7*api.One + 3, Y: -api.One}, {X: 5, Y: 7}} {
-		x, k, e := Try(w, 1, v)
+		x, k, e := move.Try(w, 1, v)
 		if k != 0 || e != api.OK || x.Units[0].Pos != (api.Vec{X: api.One/2 + v.X, Y: 3*api.One/2 + v.Y}) {
 			t.Errorf("Try(%v) %v, %d, %d", v, x.Units[0].Pos, k, e)
 		}

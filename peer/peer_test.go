@@ -1,4 +1,4 @@
-package peer
+package peer_test
 
 import (
 	"math"
@@ -8,6 +8,7 @@ import (
 
 	"throng/api"
 	"throng/copies"
+	"throng/peer"
 )
 
 // stops returns commands of player with these Seqs.
@@ -54,13 +55,13 @@ func tidy(p api.Peer) api.Peer {
 // P28.1
 func TestNew(t *testing.T) {
 	for _, c := range [][3]int{{1, 1, 1}, {1, 8, 8}, {8, 8, 3}, {2, 3, 1}} {
-		p, e := New(c[0], c[1], c[2])
+		p, e := peer.New(c[0], c[1], c[2])
 		var l []int
 		for range c[1] {
 			l = append(l, c[2]-1)
 		}
 		want := api.Peer{ID: c[0], Players: c[1], Delay: c[2], Said: c[2] - 1, Has: l, Acked: l}
-		if e != api.OK || !same(p, want) || Check(p) != api.OK {
+		if e != api.OK || !same(p, want) || peer.Check(p) != api.OK {
 			t.Errorf("New%v %v, %d", c, p, e)
 		}
 		p.Has[0] = 99
@@ -69,7 +70,7 @@ func TestNew(t *testing.T) {
 		}
 	}
 	for _, c := range [][3]int{{0, 1, 1}, {2, 1, 1}, {-1, 3, 1}, {1, 0, 1}, {1, 9, 1}, {9, 9, 1}, {1, 1, 0}, {1, 1, 9}, {math.MinInt, math.MinInt, math.MinInt}, {math.MaxInt, math.MaxInt, math.MaxInt}} {
-		if p, e := New(c[0], c[1], c[2]); e != api.ErrForm || !same(p, api.Peer{}) {
+		if p, e := peer.New(c[0], c[1], c[2]); e != api.ErrForm || !same(p, api.Peer{}) {
 			t.Errorf("New%v %v, %d", c, p, e)
 		}
 	}
@@ -170,11 +171,11 @@ func invalid() []api.Peer {
 		change(&p)
 		l = append(l, p)
 	}
-	early, _ := New(1, 1, 2)
+	early, _ := peer.New(1, 1, 2)
 	early.Hashes = []uint64{1}
-	ahead, _ := New(2, 2, 1)
+	ahead, _ := peer.New(2, 2, 1)
 	ahead.Has[0] = 17
-	end, _ := New(1, 2, 1)
+	end, _ := peer.New(1, 2, 1)
 	end.Turn, end.Said, end.Has, end.Acked = api.MaxTicks, api.MaxTicks, []int{api.MaxTicks, api.MaxTicks + 1}, []int{api.MaxTicks, api.MaxTicks}
 	return append(l, early, ahead, end)
 }
@@ -182,28 +183,28 @@ func invalid() []api.Peer {
 // P28.1
 func TestCheck(t *testing.T) {
 	for i, p := range valid() {
-		if e := Check(p); e != api.OK {
+		if e := peer.Check(p); e != api.OK {
 			t.Errorf("Check of valid state %d: %d", i, e)
 		}
 	}
 	note := api.Note{From: 1, To: 2, Input: none(), Done: -1, Have: -1}
 	for i, p := range invalid() {
-		if e := Check(p); e != api.ErrForm {
+		if e := peer.Check(p); e != api.ErrForm {
 			t.Errorf("Check of invalid state %d: %d", i, e)
 		}
-		if x, e := Say(p, nil); e != api.ErrForm || !same(x, api.Peer{}) {
+		if x, e := peer.Say(p, nil); e != api.ErrForm || !same(x, api.Peer{}) {
 			t.Errorf("Say in invalid state %d: %d", i, e)
 		}
-		if x, e := Take(p, note); e != api.ErrForm || !same(x, api.Peer{}) {
+		if x, e := peer.Take(p, note); e != api.ErrForm || !same(x, api.Peer{}) {
 			t.Errorf("Take in invalid state %d: %d", i, e)
 		}
-		if l, e := Notes(p); e != api.ErrForm || len(l) > 0 {
+		if l, e := peer.Notes(p); e != api.ErrForm || len(l) > 0 {
 			t.Errorf("Notes in invalid state %d: %d", i, e)
 		}
-		if l, ok, e := Ready(p); e != api.ErrForm || len(l) > 0 || ok {
+		if l, ok, e := peer.Ready(p); e != api.ErrForm || len(l) > 0 || ok {
 			t.Errorf("Ready in invalid state %d: %d", i, e)
 		}
-		if x, e := Ran(p, 1); e != api.ErrForm || !same(x, api.Peer{}) {
+		if x, e := peer.Ran(p, 1); e != api.ErrForm || !same(x, api.Peer{}) {
 			t.Errorf("Ran in invalid state %d: %d", i, e)
 		}
 	}
@@ -212,40 +213,40 @@ func TestCheck(t *testing.T) {
 // P28.2
 func TestSay(t *testing.T) {
 	l := stops(2, 3, 7)
-	p, e := Say(midway(), l)
+	p, e := peer.Say(midway(), l)
 	want := midway()
 	want.Said, want.Has[1], want.Acked[1] = 22, 22, 22
 	want.Mine = append(want.Mine, input(22, 2, 3, 7))
 	want.Inputs = slices.Insert(want.Inputs, 4, input(22, 2, 3, 7))
-	if e != api.OK || !same(p, want) || Check(p) != api.OK {
+	if e != api.OK || !same(p, want) || peer.Check(p) != api.OK {
 		t.Errorf("Say %v, %d, want %v", p, e, want)
 	}
 	clear(l[0].Units)
 	if clear(p.Mine[3].Commands); !same(api.Peer{Inputs: p.Inputs}, api.Peer{Inputs: want.Inputs}) {
 		t.Error("the input is shared")
 	}
-	if x, e := Say(want, nil); e != api.ErrState || !same(x, api.Peer{}) {
+	if x, e := peer.Say(want, nil); e != api.ErrState || !same(x, api.Peer{}) {
 		t.Errorf("Say too early: %d", e)
 	}
-	if x, e := Say(want, stops(1, 1)); e != api.ErrState || !same(x, api.Peer{}) {
+	if x, e := peer.Say(want, stops(1, 1)); e != api.ErrState || !same(x, api.Peer{}) {
 		t.Errorf("Say something wrong too early: %d", e)
 	}
 	for _, l := range [][]api.Command{stops(1, 3), stops(2, 3, 3), stops(2, -1), make([]api.Command, 65), {{Player: 2}}} {
-		if x, e := Say(midway(), l); e != api.ErrForm || !same(x, api.Peer{}) {
+		if x, e := peer.Say(midway(), l); e != api.ErrForm || !same(x, api.Peer{}) {
 			t.Errorf("Say(%v) %d", l, e)
 		}
 	}
-	one, _ := New(1, 1, 2)
-	if x, e := Say(one, nil); e != api.ErrState || !same(x, api.Peer{}) {
+	one, _ := peer.New(1, 1, 2)
+	if x, e := peer.Say(one, nil); e != api.ErrState || !same(x, api.Peer{}) {
 		t.Errorf("Say before the first turn: %d", e)
 	}
-	one, _ = Ran(one, 7)
-	one, e = Say(one, stops(1, 4))
+	one, _ = peer.Ran(one, 7)
+	one, e = peer.Say(one, stops(1, 4))
 	if e != api.OK || len(one.Mine) > 0 || one.Said != 2 || !same(one, api.Peer{ID: 1, Players: 1, Delay: 2, Turn: 1, Said: 2, Has: []int{2}, Acked: []int{2}, Inputs: []api.Input{input(2, 1, 4)}, Hashes: []uint64{7}}) {
 		t.Errorf("Say of one alone: %v, %d", one, e)
 	}
 	end := valid()[len(valid())-2]
-	if _, e := Say(end, nil); e != api.ErrState {
+	if _, e := peer.Say(end, nil); e != api.ErrState {
 		t.Errorf("Say at the end: %d", e)
 	}
 }
@@ -254,8 +255,8 @@ func taken(t *testing.T, n api.Note, change func(p *api.Peer)) {
 	t.Helper()
 	given, want := midway(), midway()
 	change(&want)
-	p, e := Take(given, n)
-	if e != api.OK || !same(p, want) || Check(p) != api.OK {
+	p, e := peer.Take(given, n)
+	if e != api.OK || !same(p, want) || peer.Check(p) != api.OK {
 		t.Errorf("Take(%v) %v, %d, want %v", n, p, e, want)
 	}
 	if !same(given, midway()) {
@@ -329,37 +330,37 @@ func TestTakeRefused(t *testing.T) {
 		n := good
 		n.Input = copies.Input(n.Input)
 		change(&n)
-		if p, e := Take(midway(), n); e != api.ErrForm || !same(p, api.Peer{}) {
+		if p, e := peer.Take(midway(), n); e != api.ErrForm || !same(p, api.Peer{}) {
 			t.Errorf("Take of wrong note %d: %d", i, e)
 		}
 	}
 	good.Input.Turn = 37
-	if p, e := Take(midway(), good); e != api.ErrFull || !same(p, api.Peer{}) {
+	if p, e := peer.Take(midway(), good); e != api.ErrFull || !same(p, api.Peer{}) {
 		t.Errorf("Take of a turn too far: %d", e)
 	}
 }
 
 // P28.4
 func TestNotes(t *testing.T) {
-	l, e := Notes(midway())
+	l, e := peer.Notes(midway())
 	want := []api.Note{{From: 2, To: 1, Input: input(19, 2, 1), Done: 19, Hash: 19, Have: 19}, {From: 2, To: 3, Input: input(21, 2, 5, 6), Done: 19, Hash: 19, Have: 25}}
 	if e != api.OK || !reflect.DeepEqual(l, want) {
 		t.Errorf("Notes %v, %d, want %v", l, e, want)
 	}
 	p := midway()
 	p.Hashes, p.Acked[2] = nil, 21
-	l, _ = Notes(p)
+	l, _ = peer.Notes(p)
 	want[0].Done, want[0].Hash, want[1].Done, want[1].Hash, want[1].Input = -1, 0, -1, 0, none()
 	if !reflect.DeepEqual(l, want) {
 		t.Errorf("Notes %v, want %v", l, want)
 	}
-	one, _ := New(1, 1, 1)
-	if l, e := Notes(one); len(l) > 0 || e != api.OK {
+	one, _ := peer.New(1, 1, 1)
+	if l, e := peer.Notes(one); len(l) > 0 || e != api.OK {
 		t.Errorf("Notes of one alone: %v, %d", l, e)
 	}
 	p = midway()
 	p.Acked[2] = 18
-	l, _ = Notes(p)
+	l, _ = peer.Notes(p)
 	clear(l[0].Input.Commands[0].Units)
 	if l[1].Input.Commands[0].Units[0] == 0 || p.Mine[0].Commands[0].Units[0] == 0 {
 		t.Error("two notes share an input")
@@ -369,35 +370,35 @@ func TestNotes(t *testing.T) {
 // P28.5
 func TestReadyAndRan(t *testing.T) {
 	p := midway()
-	if l, ok, e := Ready(p); len(l) > 0 || ok || e != api.OK {
+	if l, ok, e := peer.Ready(p); len(l) > 0 || ok || e != api.OK {
 		t.Errorf("Ready too early: %v, %v, %d", l, ok, e)
 	}
-	if x, e := Ran(p, 5); e != api.ErrState || !same(x, api.Peer{}) {
+	if x, e := peer.Ran(p, 5); e != api.ErrState || !same(x, api.Peer{}) {
 		t.Errorf("Ran too early: %d", e)
 	}
 	p.Inputs, p.Has[0] = append([]api.Input{input(20, 1, 7)}, p.Inputs...), 20
-	l, ok, e := Ready(p)
+	l, ok, e := peer.Ready(p)
 	if !reflect.DeepEqual(l, append(stops(1, 7), stops(3, 4)...)) || !ok || e != api.OK {
 		t.Errorf("Ready %v, %v, %d", l, ok, e)
 	}
 	want := copies.Peer(p)
 	want.Turn, want.Inputs, want.Hashes = 21, want.Inputs[3:], append(want.Hashes, 77)
-	if x, e := Ran(p, 77); e != api.OK || !same(x, want) || Check(x) != api.OK {
+	if x, e := peer.Ran(p, 77); e != api.OK || !same(x, want) || peer.Check(x) != api.OK {
 		t.Errorf("Ran %v, %d, want %v", x, e, want)
 	}
 	p.Hashes = slices.Repeat([]uint64{1, 2, 3, 4}, 4)
-	if x, _ := Ran(p, 77); !slices.Equal(x.Hashes, append(p.Hashes[1:16:16], 77)) {
+	if x, _ := peer.Ran(p, 77); !slices.Equal(x.Hashes, append(p.Hashes[1:16:16], 77)) {
 		t.Errorf("Ran with many hashes: %v", x.Hashes)
 	}
 	for i, p := range valid()[len(valid())-2:] {
-		l, ok, e := Ready(p)
-		x, f := Ran(p, 3)
+		l, ok, e := peer.Ready(p)
+		x, f := peer.Ran(p, 3)
 		if len(l) > 0 || ok != (i == 0) || e != api.OK || (f == api.OK) != (i == 0) || i == 1 && (f != api.ErrState || !same(x, api.Peer{})) {
 			t.Errorf("at the end: %v, %v, %d, %d", l, ok, e, f)
 		}
 	}
-	one, _ := New(1, 1, 1)
-	if l, ok, e := Ready(one); len(l) > 0 || !ok || e != api.OK {
+	one, _ := peer.New(1, 1, 1)
+	if l, ok, e := peer.Ready(one); len(l) > 0 || !ok || e != api.OK {
 		t.Errorf("Ready of the example: %v, %v, %d", l, ok, e)
 	}
 }
@@ -416,7 +417,7 @@ func TestLossyNetwork(t *testing.T) {
 	for _, c := range [][2]int{{2, 1}, {3, 4}, {8, 8}, {5, 2}} {
 		var peers []api.Peer
 		for id := 1; id <= c[0]; id++ {
-			p, _ := New(id, c[0], c[1])
+			p, _ := peer.New(id, c[0], c[1])
 			peers = append(peers, p)
 		}
 		said := map[[2]int][]api.Command{}
@@ -424,14 +425,14 @@ func TestLossyNetwork(t *testing.T) {
 		for round := range 600 {
 			i := d.roll(c[0])
 			l := stops(i+1, d.roll(5), 5+d.roll(5))[:d.roll(3)]
-			if p, e := Say(peers[i], l); e == api.OK {
+			if p, e := peer.Say(peers[i], l); e == api.OK {
 				said[[2]int{p.Said, i + 1}], peers[i] = l, p
 			}
-			notes, _ := Notes(peers[i])
+			notes, _ := peer.Notes(peers[i])
 			transit = append(transit, notes...)
 			for range d.roll(6) {
 				if n := d.roll(len(transit) + 1); n < len(transit) {
-					if p, e := Take(peers[transit[n].To-1], transit[n]); e == api.OK && d.roll(4) > 0 {
+					if p, e := peer.Take(peers[transit[n].To-1], transit[n]); e == api.OK && d.roll(4) > 0 {
 						peers[transit[n].To-1] = p
 					}
 					if d.roll(3) > 0 {
@@ -452,10 +453,10 @@ func TestLossyNetwork(t *testing.T) {
 func run(t *testing.T, p *api.Peer, said map[[2]int][]api.Command) {
 	t.Helper()
 	for {
-		if Check(*p) != api.OK || p.Split {
+		if peer.Check(*p) != api.OK || p.Split {
 			t.Fatalf("state %v", *p)
 		}
-		l, ok, e := Ready(*p)
+		l, ok, e := peer.Ready(*p)
 		if !ok || e != api.OK {
 			return
 		}
@@ -466,7 +467,7 @@ func run(t *testing.T, p *api.Peer, said map[[2]int][]api.Command) {
 		if len(l) != len(want) || len(l) > 0 && !reflect.DeepEqual(l, want) {
 			t.Fatalf("turn %d of peer %d: %v, want %v", p.Turn, p.ID, l, want)
 		}
-		*p, _ = Ran(*p, uint64(p.Turn)*31)
+		*p, _ = peer.Ran(*p, uint64(p.Turn)*31)
 	}
 }
 
@@ -475,9 +476,9 @@ func settle(t *testing.T, peers []api.Peer, said map[[2]int][]api.Command) {
 	t.Helper()
 	for range 40 {
 		for i := range peers {
-			l, _ := Notes(peers[i])
+			l, _ := peer.Notes(peers[i])
 			for _, n := range l {
-				if p, e := Take(peers[n.To-1], n); e == api.OK {
+				if p, e := peer.Take(peers[n.To-1], n); e == api.OK {
 					peers[n.To-1] = p
 				}
 			}

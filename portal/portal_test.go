@@ -1,4 +1,4 @@
-package portal
+package portal_test
 
 import (
 	"cmp"
@@ -7,6 +7,7 @@ import (
 	"testing"
 
 	"throng/api"
+	"throng/portal"
 	"throng/sector"
 )
 
@@ -81,7 +82,7 @@ func TestFind(t *testing.T) {
 		w, h := s[0], s[1]
 		for of4 := range 5 {
 			free := scatter(w, h, of4)
-			l, e := Find(w, h, free)
+			l, e := portal.Find(w, h, free)
 			if e != api.OK || !slices.Equal(l, slow(w, h, free)) {
 				t.Fatalf("Find of %d times %d, %d: %v, %d", w, h, of4, l, e)
 			}
@@ -98,13 +99,13 @@ func TestFind(t *testing.T) {
 
 // P11.1
 func TestExamples(t *testing.T) {
-	if l, e := Find(16, 8, all(128)); e != api.OK || !slices.Equal(l, []api.Portal{{A: 55, B: 56, Width: 8}}) {
+	if l, e := portal.Find(16, 8, all(128)); e != api.OK || !slices.Equal(l, []api.Portal{{A: 55, B: 56, Width: 8}}) {
 		t.Errorf("16 times 8: %v, %d", l, e)
 	}
-	if l, _ := Find(8, 16, all(128)); !slices.Equal(l, []api.Portal{{A: 59, B: 67, Width: 8}}) {
+	if l, _ := portal.Find(8, 16, all(128)); !slices.Equal(l, []api.Portal{{A: 59, B: 67, Width: 8}}) {
 		t.Errorf("8 times 16: %v", l)
 	}
-	if l, _ := Find(8, 8, all(64)); len(l) > 0 {
+	if l, _ := portal.Find(8, 8, all(64)); len(l) > 0 {
 		t.Errorf("8 times 8: %v", l)
 	}
 	free := all(9 * 9)
@@ -112,7 +113,7 @@ func TestExamples(t *testing.T) {
 		free[i] = false
 	}
 	want := []api.Portal{{A: 25, B: 26, Width: 1}, {A: 52, B: 53, Width: 4}, {A: 67, B: 76, Width: 7}, {A: 71, B: 80, Width: 1}, {A: 79, B: 80, Width: 1}}
-	if l, _ := Find(9, 9, free); !slices.Equal(l, want) {
+	if l, _ := portal.Find(9, 9, free); !slices.Equal(l, want) {
 		t.Errorf("9 times 9: %v, want %v", l, want)
 	}
 }
@@ -121,7 +122,7 @@ func TestExamples(t *testing.T) {
 func TestCorner(t *testing.T) {
 	free := make([]bool, 81)
 	free[70], free[71], free[79] = true, true, true
-	if l, _ := Find(9, 9, free); !slices.Equal(l, []api.Portal{{A: 70, B: 71, Width: 1}, {A: 70, B: 79, Width: 1}}) {
+	if l, _ := portal.Find(9, 9, free); !slices.Equal(l, []api.Portal{{A: 70, B: 71, Width: 1}, {A: 70, B: 79, Width: 1}}) {
 		t.Errorf("corner: %v", l)
 	}
 }
@@ -129,11 +130,11 @@ func TestCorner(t *testing.T) {
 // P11.1
 func TestWrong(t *testing.T) {
 	for _, s := range [][2]int{{0, 1}, {1, 0}, {129, 1}, {1, 129}, {-2, -3}, {math.MaxInt, math.MaxInt}, {1 << 32, 1 << 32}, {0, 0}, {3, 3}, {5, 1}} {
-		if l, e := Find(s[0], s[1], make([]bool, 6)); len(l) > 0 || e != api.ErrForm {
+		if l, e := portal.Find(s[0], s[1], make([]bool, 6)); len(l) > 0 || e != api.ErrForm {
 			t.Errorf("Find(%v) %v, %d", s, l, e)
 		}
 	}
-	if l, e := Find(1, 1, nil); len(l) > 0 || e != api.ErrForm {
+	if l, e := portal.Find(1, 1, nil); len(l) > 0 || e != api.ErrForm {
 		t.Errorf("Find without tiles: %v, %d", l, e)
 	}
 }

@@ -1,4 +1,4 @@
-package replay
+package replay_test
 
 import (
 	"bytes"
@@ -12,6 +12,7 @@ import (
 	"throng/command"
 	"throng/image"
 	"throng/mapcode"
+	"throng/replay"
 	"throng/world"
 )
 
@@ -126,15 +127,15 @@ func TestThereAndBack(t *testing.T) {
 	for _, c := range [][2]int{{0, 1}, {1, 8}, {12, 3}} {
 		r := recorded(c[0], c[1], &d)
 		want, ends := encoded(r)
-		b, e := Bytes(r)
+		b, e := replay.Bytes(r)
 		if e != api.OK || !bytes.Equal(b, want) {
 			t.Fatalf("Bytes of %d frames: %d", c[0], e)
 		}
-		if x, e := Parse(b); e != api.OK || !equal(x, r) {
+		if x, e := replay.Parse(b); e != api.OK || !equal(x, r) {
 			t.Fatalf("Parse of %d frames: %d", c[0], e)
 		}
 		for n := range b {
-			x, e := Parse(b[:n])
+			x, e := replay.Parse(b[:n])
 			frames, found := slices.BinarySearch(ends, n)
 			part := api.Replay{}
 			if n >= ends[0] {
@@ -159,21 +160,21 @@ func TestRun(t *testing.T) {
 		for _, f := range r.Frames {
 			want = append(want, f.Hash)
 		}
-		h, same, e := Run(r)
+		h, same, e := replay.Run(r)
 		if e != api.OK || !same || !slices.Equal(h, want) {
 			t.Fatalf("Run %v, %d", same, e)
 		}
 		r.Frames[39].Hash++
-		if h, same, e := Run(r); e != api.OK || same || !slices.Equal(h, want) {
+		if h, same, e := replay.Run(r); e != api.OK || same || !slices.Equal(h, want) {
 			t.Errorf("Run with another hash: %v, %d", same, e)
 		}
 		r.Frames[39].Hash--
 		r.Frames[0].Hash--
-		if h, same, e := Run(r); e != api.OK || same || !slices.Equal(h, want) {
+		if h, same, e := replay.Run(r); e != api.OK || same || !slices.Equal(h, want) {
 			t.Errorf("Run with another first hash: %v, %d", same, e)
 		}
 	}
-	if h, same, e := Run(recorded(0, 2, &d)); e != api.OK || !same || len(h) > 0 {
+	if h, same, e := replay.Run(recorded(0, 2, &d)); e != api.OK || !same || len(h) > 0 {
 		t.Errorf("Run without frames: %v, %d", same, e)
 	}
 }
@@ -224,10 +225,10 @@ func invalid() []api.Replay {
 // P29.1, P29.3
 func TestInvalid(t *testing.T) {
 	for i, r := range invalid() {
-		if b, e := Bytes(r); e != api.ErrForm || len(b) > 0 {
+		if b, e := replay.Bytes(r); e != api.ErrForm || len(b) > 0 {
 			t.Errorf("Bytes of replay %d: %d", i, e)
 		}
-		if h, same, e := Run(r); e != api.ErrForm || len(h) > 0 || same {
+		if h, same, e := replay.Run(r); e != api.ErrForm || len(h) > 0 || same {
 			t.Errorf("Run of replay %d: %v, %d", i, same, e)
 		}
 	}
@@ -242,14 +243,14 @@ func TestMost(t *testing.T) {
 	for i := range 512 {
 		r.Frames[9].Commands = append(r.Frames[9].Commands, stop(1+i/256, i))
 	}
-	b, e := Bytes(r)
+	b, e := replay.Bytes(r)
 	if want, _ := encoded(r); e != api.OK || !bytes.Equal(b, want) {
 		t.Fatalf("Bytes %d", e)
 	}
-	if x, e := Parse(b); e != api.OK || !equal(x, r) {
+	if x, e := replay.Parse(b); e != api.OK || !equal(x, r) {
 		t.Errorf("Parse %d", e)
 	}
-	if x, e := Parse(append(b, 0)); e != api.ErrForm || !equal(x, r) {
+	if x, e := replay.Parse(append(b, 0)); e != api.ErrForm || !equal(x, r) {
 		t.Errorf("Parse with one more frame: %d", e)
 	}
 }
@@ -281,18 +282,18 @@ func TestTooLong(t *testing.T) {
 	}
 	frame(l...)
 	last := &r.Frames[len(r.Frames)-1]
-	b, e := Bytes(r)
+	b, e := replay.Bytes(r)
 	if e != api.OK || len(b) != api.MaxBytes {
 		t.Fatalf("Bytes %d, %d bytes", e, len(b))
 	}
-	if x, e := Parse(b); e != api.OK || !equal(x, r) {
+	if x, e := replay.Parse(b); e != api.OK || !equal(x, r) {
 		t.Errorf("Parse of MaxBytes: %d", e)
 	}
-	if x, e := Parse(append(b, 0)); e != api.ErrForm || !equal(x, api.Replay{}) {
+	if x, e := replay.Parse(append(b, 0)); e != api.ErrForm || !equal(x, api.Replay{}) {
 		t.Errorf("Parse of one byte more: %d", e)
 	}
 	last.Commands = append(last.Commands, stop(1, 2000))
-	if b, e := Bytes(r); e != api.ErrLimit || len(b) > 0 {
+	if b, e := replay.Bytes(r); e != api.ErrLimit || len(b) > 0 {
 		t.Errorf("Bytes of too many: %d", e)
 	}
 }
@@ -314,7 +315,7 @@ func TestFirstFault(t *testing.T) {
 	}{{nil, api.ErrCut}, {[]byte("T"), api.ErrCut}, {[]byte("X"), api.ErrForm}, {[]byte("TW"), api.ErrForm}, {[]byte("TR"), api.ErrCut}, {num([]byte("TR"), 0), api.ErrForm}, {num([]byte("TR"), 9), api.ErrForm},
 		{[]byte{'T', 'R', 0x81, 0}, api.ErrForm}, {num([]byte("TR"), 8), api.ErrCut}, {num([]byte("TR"), 8, api.MaxBytes+1), api.ErrForm}, {num([]byte("TR"), 8, 5), api.ErrCut}, {num([]byte("TR"), 8, 0), api.ErrForm},
 		{append(num([]byte("TR"), 3, len(g)-1), g[:len(g)-1]...), api.ErrForm}, {wrong, api.ErrForm}} {
-		if x, e := Parse(c.b); e != c.want || !equal(x, empty) {
+		if x, e := replay.Parse(c.b); e != c.want || !equal(x, empty) {
 			t.Errorf("Parse(%v) %d, want %d", c.b, e, c.want)
 		}
 	}
@@ -326,7 +327,7 @@ func TestFirstFault(t *testing.T) {
 		{num(b, 1, 3, 4, 1, 1, 5), api.ErrForm}, {append(append(num(b, 2), a...), a...), api.ErrForm}, {append(append(num(b, 2), a...), num(nil, 3, 1, 9, 1, 5)...), api.ErrForm}, {append(append(num(b, 2), a...), num(nil, 3, 2, 4, 1, 5)...), api.ErrForm},
 		{append(append(num(b, 2), a...), num(nil, 3, 2, 6, 1, 5)...), api.ErrCut}, {num(b, 0), api.ErrCut}, {num(b, 0, 1, 2, 3, 4, 5, 6, 7), api.ErrCut}, {num(b, 0, 1, 2, 3, 4, 5, 6, 7, 8), api.ErrCut},
 		{append(num(b, 0, 0, 0, 0, 0, 0, 0, 0, 0), byte(sum(num(b, 0, 0, 0, 0, 0, 0, 0, 0, 0)))^1), api.ErrForm}} {
-		if x, e := Parse(c.b); e != c.want || !equal(x, r) {
+		if x, e := replay.Parse(c.b); e != c.want || !equal(x, r) {
 			t.Errorf("Parse of case %d: %d, %d frames, want %d", i, e, len(x.Frames), c.want)
 		}
 	}
@@ -340,7 +341,7 @@ func TestChanged(t *testing.T) {
 	for i := range b {
 		c := bytes.Clone(b)
 		c[i] ^= 1
-		x, e := Parse(c)
+		x, e := replay.Parse(c)
 		frames, found := slices.BinarySearch(ends, i)
 		if !found {
 			frames--

@@ -1,4 +1,4 @@
-package route
+package route_test
 
 import (
 	"cmp"
@@ -11,6 +11,7 @@ import (
 	"throng/ground"
 	"throng/kind"
 	"throng/portal"
+	"throng/route"
 	"throng/sector"
 )
 
@@ -151,7 +152,7 @@ func compare(t *testing.T, m model, l []api.Building, size, goal int) {
 	}
 	costs, _ := field.Make(m.g, l, m.class, size, goal)
 	for start := 0; start < len(m.good); start += 1 + len(m.good)/60 {
-		r, e := Find(m.g, l, m.class, size, start, goal)
+		r, e := route.Find(m.g, l, m.class, size, start, goal)
 		if costs[start] < 0 {
 			if e != api.ErrBlocked || !equal(r, api.Route{}) {
 				t.Fatalf("no way from %d to %d: %v, %d", start, goal, r, e)
@@ -207,7 +208,7 @@ func TestSmall(t *testing.T) {
 		{56, 55, api.Route{Cost: 20, Portals: []int{0}, Sectors: []int{1, 0}}},
 		{7, 8, api.Route{Cost: 140, Portals: []int{0}, Sectors: []int{0, 1}}},
 	} {
-		if r, e := Find(g, nil, api.Foot, 0, c.start, c.goal); e != api.OK || !equal(r, c.want) {
+		if r, e := route.Find(g, nil, api.Foot, 0, c.start, c.goal); e != api.OK || !equal(r, c.want) {
 			t.Errorf("from %d to %d: %v, %d, want %v", c.start, c.goal, r, e, c.want)
 		}
 	}
@@ -239,7 +240,7 @@ func TestWrong(t *testing.T) {
 
 func refused(t *testing.T, g api.Ground, l []api.Building, class, size, start, goal int, want api.Errno) {
 	t.Helper()
-	if r, e := Find(g, l, class, size, start, goal); e != want || !equal(r, api.Route{}) {
+	if r, e := route.Find(g, l, class, size, start, goal); e != want || !equal(r, api.Route{}) {
 		t.Errorf("Find(%d, %d, %d, %d) %v, %d, want %d", class, size, start, goal, r, e, want)
 	}
 }

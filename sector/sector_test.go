@@ -1,4 +1,4 @@
-package sector
+package sector_test
 
 import (
 	"math"
@@ -6,6 +6,7 @@ import (
 	"testing"
 
 	"throng/api"
+	"throng/sector"
 )
 
 func sizesOf() [][2]int {
@@ -53,18 +54,18 @@ func slow(w, h int, free []bool) []int {
 func TestCountAndOf(t *testing.T) {
 	for _, s := range sizesOf() {
 		w, h := s[0], s[1]
-		n, e := Count(w, h)
+		n, e := sector.Count(w, h)
 		if want := (w + 7) / 8 * ((h + 7) / 8); n != want || e != api.OK {
 			t.Errorf("Count(%d, %d) %d, %d", w, h, n, e)
 		}
 		for i := range w * h {
-			k, e := Of(w, h, i)
+			k, e := sector.Of(w, h, i)
 			if want := i%w/8 + (w+7)/8*(i/w/8); k != want || k >= n || e != api.OK {
 				t.Fatalf("Of(%d, %d, %d) %d, %d", w, h, i, k, e)
 			}
 		}
 		for _, i := range []int{-1, w * h, math.MinInt, math.MaxInt} {
-			if k, e := Of(w, h, i); k != 0 || e != api.ErrNone {
+			if k, e := sector.Of(w, h, i); k != 0 || e != api.ErrNone {
 				t.Errorf("Of(%d, %d, %d) %d, %d", w, h, i, k, e)
 			}
 		}
@@ -76,7 +77,7 @@ func TestParts(t *testing.T) {
 	for _, s := range sizesOf() {
 		w, h := s[0], s[1]
 		free := scatter(w, h)
-		parts, e := Parts(w, h, free)
+		parts, e := sector.Parts(w, h, free)
 		if e != api.OK || !slices.Equal(parts, slow(w, h, free)) {
 			t.Fatalf("Parts of %d times %d: %v, %d", w, h, parts, e)
 		}
@@ -84,14 +85,14 @@ func TestParts(t *testing.T) {
 			if p < 0 {
 				continue
 			}
-			a, _ := Of(w, h, i)
-			if b, _ := Of(w, h, p); a != b || p > i {
+			a, _ := sector.Of(w, h, i)
+			if b, _ := sector.Of(w, h, p); a != b || p > i {
 				t.Errorf("tile %d has the number %d", i, p)
 			}
 		}
 	}
 	free := slices.Repeat([]bool{true}, 64)
-	if parts, _ := Parts(8, 8, free); slices.Max(parts) != 0 || slices.Min(parts) != 0 {
+	if parts, _ := sector.Parts(8, 8, free); slices.Max(parts) != 0 || slices.Min(parts) != 0 {
 		t.Errorf("Parts of the example: %v", parts)
 	}
 }
@@ -99,10 +100,10 @@ func TestParts(t *testing.T) {
 // P10.2: a snake, and tiles that touch at corners alone.
 func TestShapes(t *testing.T) {
 	free := []bool{true, false, true, true, true, false, true, false, true, false, true, true}
-	if parts, _ := Parts(4, 3, free); !slices.Equal(parts, []int{0, -1, 2, 2, 0, -1, 2, -1, 0, -1, 2, 2}) {
+	if parts, _ := sector.Parts(4, 3, free); !slices.Equal(parts, []int{0, -1, 2, 2, 0, -1, 2, -1, 0, -1, 2, 2}) {
 		t.Errorf("Parts %v", parts)
 	}
-	if parts, _ := Parts(2, 2, []bool{true, false, false, true}); !slices.Equal(parts, []int{0, -1, -1, 3}) {
+	if parts, _ := sector.Parts(2, 2, []bool{true, false, false, true}); !slices.Equal(parts, []int{0, -1, -1, 3}) {
 		t.Errorf("Parts of corners %v", parts)
 	}
 }
@@ -119,10 +120,10 @@ func TestRedo(t *testing.T) {
 		}
 		for i := 0; i < w*h; i += 1 + w*h/50 {
 			kept := slices.Clone(old)
-			got, e := Redo(w, h, free, old, i)
-			k, _ := Of(w, h, i)
+			got, e := sector.Redo(w, h, free, old, i)
+			k, _ := sector.Of(w, h, i)
 			for j := range kept {
-				if m, _ := Of(w, h, j); m == k {
+				if m, _ := sector.Of(w, h, j); m == k {
 					kept[j] = now[j]
 				}
 			}
@@ -137,32 +138,32 @@ func TestRedo(t *testing.T) {
 func TestWrong(t *testing.T) {
 	free, parts := make([]bool, 6), make([]int, 6)
 	for _, s := range [][2]int{{0, 1}, {1, 0}, {129, 1}, {1, 129}, {-2, -3}, {math.MaxInt, math.MaxInt}, {1 << 32, 1 << 32}, {0, 0}} {
-		if n, e := Count(s[0], s[1]); n != 0 || e != api.ErrForm {
+		if n, e := sector.Count(s[0], s[1]); n != 0 || e != api.ErrForm {
 			t.Errorf("Count(%v) %d, %d", s, n, e)
 		}
-		if n, e := Of(s[0], s[1], -1); n != 0 || e != api.ErrForm {
+		if n, e := sector.Of(s[0], s[1], -1); n != 0 || e != api.ErrForm {
 			t.Errorf("Of(%v) %d, %d", s, n, e)
 		}
-		if l, e := Parts(s[0], s[1], free); len(l) > 0 || e != api.ErrForm {
+		if l, e := sector.Parts(s[0], s[1], free); len(l) > 0 || e != api.ErrForm {
 			t.Errorf("Parts(%v) %v, %d", s, l, e)
 		}
-		if l, e := Redo(s[0], s[1], free, parts, -1); len(l) > 0 || e != api.ErrForm {
+		if l, e := sector.Redo(s[0], s[1], free, parts, -1); len(l) > 0 || e != api.ErrForm {
 			t.Errorf("Redo(%v) %v, %d", s, l, e)
 		}
 	}
 	for _, n := range []int{0, 5, 7} {
-		if l, e := Parts(3, 2, make([]bool, n)); len(l) > 0 || e != api.ErrForm {
+		if l, e := sector.Parts(3, 2, make([]bool, n)); len(l) > 0 || e != api.ErrForm {
 			t.Errorf("Parts of %d tiles: %v, %d", n, l, e)
 		}
-		if l, e := Redo(3, 2, make([]bool, n), parts, -1); len(l) > 0 || e != api.ErrForm {
+		if l, e := sector.Redo(3, 2, make([]bool, n), parts, -1); len(l) > 0 || e != api.ErrForm {
 			t.Errorf("Redo of %d tiles: %v, %d", n, l, e)
 		}
-		if l, e := Redo(3, 2, free, make([]int, n), -1); len(l) > 0 || e != api.ErrForm {
+		if l, e := sector.Redo(3, 2, free, make([]int, n), -1); len(l) > 0 || e != api.ErrForm {
 			t.Errorf("Redo of %d parts: %v, %d", n, l, e)
 		}
 	}
 	for _, i := range []int{-1, 6, math.MinInt, math.MaxInt} {
-		if l, e := Redo(3, 2, free, parts, i); len(l) > 0 || e != api.ErrNone {
+		if l, e := sector.Redo(3, 2, free, parts, i); len(l) > 0 || e != api.ErrNone {
 			t.Errorf("Redo at %d: %v, %d", i, l, e)
 		}
 	}

@@ -1,4 +1,4 @@
-package session
+package session_test
 
 import (
 	"math"
@@ -11,6 +11,7 @@ import (
 	"throng/image"
 	"throng/peer"
 	"throng/replay"
+	"throng/session"
 	"throng/world"
 )
 
@@ -210,7 +211,7 @@ func TestAgainstModel(t *testing.T) {
 			for i := range given {
 				given[i].Commands = copies.Commands(l[i].Commands)
 			}
-			r, e := Run(g, c[0], c[1], room, l)
+			r, e := session.Run(g, c[0], c[1], room, l)
 			if e != api.OK || !same(r, want) {
 				t.Fatalf("Run of %v with room %d: %d, turns %v, want %v", c, room, e, r.Turns, want.Turns)
 			}
@@ -253,7 +254,7 @@ func TestExample(t *testing.T) {
 		l     []api.Act
 		want  int
 	}{{1, nil, 0}, {1, []api.Act{tick}, 1}, {1, []api.Act{tick, tick}, 1}, {1, []api.Act{tick, say, tick}, 2}, {1, []api.Act{say, tick, say, say, tick}, 2}, {8, []api.Act{tick}, 4}, {8, []api.Act{tick, tick, tick}, 8}} {
-		if r, e := Run(g, 1, c.delay, 1, c.l); e != api.OK || !slices.Equal(r.Turns, []int{c.want}) || len(r.Log) != c.want {
+		if r, e := session.Run(g, 1, c.delay, 1, c.l); e != api.OK || !slices.Equal(r.Turns, []int{c.want}) || len(r.Log) != c.want {
 			t.Errorf("Run(%v) %v, %d, want %d", c.l, r.Turns, e, c.want)
 		}
 	}
@@ -264,7 +265,7 @@ func TestSay(t *testing.T) {
 	g := api.Ground{W: 9, H: 9, Tiles: make([]byte, 81)}
 	spawn := api.Command{Player: 7, Kind: api.CmdSpawn, At: api.Vec{X: api.One, Y: api.One}}
 	l := []api.Act{{Kind: api.ActCalm, N: 1}, {Kind: api.ActSay, Peer: 2, Commands: []api.Command{spawn}}, {Kind: api.ActSay, Peer: 1}, {Kind: api.ActCalm, N: 2}}
-	r, e := Run(g, 2, 1, 1, l)
+	r, e := session.Run(g, 2, 1, 1, l)
 	if e != api.OK || !slices.Equal(r.Turns, []int{2, 2}) || len(r.Worlds[0].Units) != 1 || r.Worlds[0].Units[0].Owner != 2 || r.Log[1].Commands[0].Player != 2 {
 		t.Errorf("Run %v, %d", r, e)
 	}
@@ -290,7 +291,7 @@ func TestNotes(t *testing.T) {
 			l = append(l, api.Act{Kind: a[0], N: a[1], Peer: -9})
 		}
 		l = append(l, api.Act{Kind: api.ActTick, Peer: 1}, api.Act{Kind: api.ActTick, Peer: 2})
-		if r, e := Run(g, 2, 1, 1, l); e != api.OK || !slices.Equal(r.Turns, c.want) {
+		if r, e := session.Run(g, 2, 1, 1, l); e != api.OK || !slices.Equal(r.Turns, c.want) {
 			t.Errorf("%v: %v, %d, want %v", c.acts, r.Turns, e, c.want)
 		}
 	}
@@ -306,7 +307,7 @@ func TestCalm(t *testing.T) {
 		}
 	}
 	for n, want := range map[int]int{0: 0, 1: 4, 2: 8, 60: 8, 61: 0, -1: 0, math.MinInt: 0, math.MaxInt: 0} {
-		if r, e := Run(g, 3, 8, 1, append(l, api.Act{Kind: api.ActCalm, N: n})); e != api.OK || !slices.Equal(r.Turns, []int{want, want, want}) {
+		if r, e := session.Run(g, 3, 8, 1, append(l, api.Act{Kind: api.ActCalm, N: n})); e != api.OK || !slices.Equal(r.Turns, []int{want, want, want}) {
 			t.Errorf("calm for %d: %v, %d, want %d", n, r.Turns, e, want)
 		}
 	}
@@ -316,7 +317,7 @@ func TestCalm(t *testing.T) {
 func TestWrong(t *testing.T) {
 	g := api.Ground{W: 2, H: 1, Tiles: make([]byte, 2)}
 	acts := func(n int) []api.Act { return make([]api.Act, n) }
-	if _, e := Run(g, 8, 8, api.MaxUnits, acts(400)); e != api.OK {
+	if _, e := session.Run(g, 8, 8, api.MaxUnits, acts(400)); e != api.OK {
 		t.Errorf("as much as may be: %d", e)
 	}
 	for i, c := range []struct {
@@ -324,7 +325,7 @@ func TestWrong(t *testing.T) {
 		players, delay, room int
 		n                    int
 	}{{api.Ground{}, 1, 1, 1, 0}, {g, 0, 1, 1, 0}, {g, 9, 1, 1, 0}, {g, 1, 0, 1, 0}, {g, 1, 9, 1, 0}, {g, 1, 1, 0, 0}, {g, 1, 1, api.MaxUnits + 1, 0}, {g, 1, 1, 1, 401}, {g, math.MinInt, math.MaxInt, math.MinInt, 0}} {
-		if r, e := Run(c.g, c.players, c.delay, c.room, acts(c.n)); e != api.ErrForm || !reflect.DeepEqual(r, api.Report{}) {
+		if r, e := session.Run(c.g, c.players, c.delay, c.room, acts(c.n)); e != api.ErrForm || !reflect.DeepEqual(r, api.Report{}) {
 			t.Errorf("case %d: %d", i, e)
 		}
 	}

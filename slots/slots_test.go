@@ -1,4 +1,4 @@
-package slots
+package slots_test
 
 import (
 	"cmp"
@@ -10,6 +10,7 @@ import (
 	"throng/disc"
 	"throng/field"
 	"throng/ground"
+	"throng/slots"
 )
 
 // land returns a ground with some of every terrain, and a building on it.
@@ -58,7 +59,7 @@ func TestAgainstSlow(t *testing.T) {
 			for size := range 4 {
 				for goal := 0; goal < len(g.Tiles); goal += 1 + len(g.Tiles)/9 {
 					for _, n := range []int{0, 1, 5, 63, 64} {
-						found, e := Find(g, l, class, size, goal, n)
+						found, e := slots.Find(g, l, class, size, goal, n)
 						if want := slow(g, l, class, size, goal, n); e != api.OK || !slices.Equal(found, want) {
 							t.Fatalf("%v: Find(%d, %d, %d, %d) %v, %d, want %v", s, class, size, goal, n, found, e, want)
 						}
@@ -87,13 +88,13 @@ func sideBySide(t *testing.T, g api.Ground, size int, found []int) {
 // P20.1
 func TestExample(t *testing.T) {
 	g, _ := land(5, 5, 0)
-	if l, e := Find(g, nil, api.Foot, 0, 12, 9); e != api.OK || !slices.Equal(l, []int{12, 6, 7, 8, 11, 13, 16, 17, 18}) {
+	if l, e := slots.Find(g, nil, api.Foot, 0, 12, 9); e != api.OK || !slices.Equal(l, []int{12, 6, 7, 8, 11, 13, 16, 17, 18}) {
 		t.Errorf("Find %v, %d", l, e)
 	}
-	if l, e := Find(g, nil, api.Foot, 0, 0, 5); e != api.OK || !slices.Equal(l, []int{0, 1, 5, 6, 2}) {
+	if l, e := slots.Find(g, nil, api.Foot, 0, 0, 5); e != api.OK || !slices.Equal(l, []int{0, 1, 5, 6, 2}) {
 		t.Errorf("Find at a corner %v, %d", l, e)
 	}
-	if l, e := Find(g, nil, api.Foot, 1, 6, 64); e != api.OK || !slices.Equal(l, []int{6}) {
+	if l, e := slots.Find(g, nil, api.Foot, 1, 6, 64); e != api.OK || !slices.Equal(l, []int{6}) {
 		t.Errorf("Find for a giant %v, %d", l, e)
 	}
 }
@@ -123,7 +124,7 @@ func TestWrong(t *testing.T) {
 
 func refused(t *testing.T, g api.Ground, l []api.Building, class, size, goal, n int, want api.Errno) {
 	t.Helper()
-	if r, e := Find(g, l, class, size, goal, n); len(r) > 0 || e != want {
+	if r, e := slots.Find(g, l, class, size, goal, n); len(r) > 0 || e != want {
 		t.Errorf("Find(%d, %d, %d, %d) %v, %d, want %d", class, size, goal, n, r, e, want)
 	}
 }

@@ -1,4 +1,4 @@
-package steer
+package steer_test
 
 import (
 	"math"
@@ -7,6 +7,7 @@ import (
 
 	"throng/api"
 	"throng/fixed"
+	"throng/steer"
 	"throng/vec"
 )
 
@@ -37,11 +38,11 @@ func TestToward(t *testing.T) {
 	for i, p := range l {
 		q := l[(i*37+11)%len(l)]
 		for _, speed := range speeds() {
-			got := Toward(p, q, speed)
+			got := steer.Toward(p, q, speed)
 			if got != vec.Clamp(vec.Sub(q, p), speed) {
 				t.Errorf("Toward(%v, %v, %d) %v", p, q, speed, got)
 			}
-			if Toward(p, p, speed) != (api.Vec{}) {
+			if steer.Toward(p, p, speed) != (api.Vec{}) {
 				t.Errorf("Toward(%v, %v, %d) %v", p, p, speed, got)
 			}
 			if small(p) && small(q) && vec.Len(got) > max(speed, 0) {
@@ -49,7 +50,7 @@ func TestToward(t *testing.T) {
 			}
 		}
 	}
-	if got := Toward(api.Vec{X: 1}, api.Vec{X: 1 + 10*api.One}, api.One/4); got != (api.Vec{X: api.One / 4}) {
+	if got := steer.Toward(api.Vec{X: 1}, api.Vec{X: 1 + 10*api.One}, api.One/4); got != (api.Vec{X: api.One / 4}) {
 		t.Errorf("Toward %v", got)
 	}
 }
@@ -78,18 +79,18 @@ func TestApart(t *testing.T) {
 	l := vectors()
 	for _, p := range l {
 		for _, r := range speeds() {
-			if got := Apart(p, r, l); got != apart(p, r, l) {
+			if got := steer.Apart(p, r, l); got != apart(p, r, l) {
 				t.Errorf("Apart(%v, %d) %v, want %v", p, r, got, apart(p, r, l))
 			}
 		}
 	}
-	if got := Apart(api.Vec{X: 3}, 10, nil); got != (api.Vec{}) {
+	if got := steer.Apart(api.Vec{X: 3}, 10, nil); got != (api.Vec{}) {
 		t.Errorf("Apart from nothing %v", got)
 	}
-	if got := Apart(api.Vec{X: 3}, 10, []api.Vec{{X: 3}}); got != (api.Vec{X: 10}) {
+	if got := steer.Apart(api.Vec{X: 3}, 10, []api.Vec{{X: 3}}); got != (api.Vec{X: 10}) {
 		t.Errorf("Apart from the same place %v", got)
 	}
-	if got := Apart(api.Vec{X: 30}, 40, []api.Vec{{X: 20}, {X: 60}, {X: 70}, {X: 30, Y: 39}}); got != (api.Vec{X: 10 - 10, Y: -1}) {
+	if got := steer.Apart(api.Vec{X: 30}, 40, []api.Vec{{X: 20}, {X: 60}, {X: 70}, {X: 30, Y: 39}}); got != (api.Vec{X: 10 - 10, Y: -1}) {
 		t.Errorf("Apart of four %v", got)
 	}
 }
@@ -101,7 +102,7 @@ func TestCohere(t *testing.T) {
 		for n := range 5 {
 			for _, speed := range speeds() {
 				some := l[i*(len(l)-5)/len(l):][:n]
-				got := Cohere(p, some, speed)
+				got := steer.Cohere(p, some, speed)
 				if n == 0 {
 					if got != (api.Vec{}) {
 						t.Errorf("Cohere with nothing %v", got)
@@ -112,7 +113,7 @@ func TestCohere(t *testing.T) {
 				for _, q := range some {
 					x, y = fixed.Add(x, q.X), fixed.Add(y, q.Y)
 				}
-				if want := Toward(p, api.Vec{X: x / int64(n), Y: y / int64(n)}, speed); got != want {
+				if want := steer.Toward(p, api.Vec{X: x / int64(n), Y: y / int64(n)}, speed); got != want {
 					t.Errorf("Cohere(%v, %v, %d) %v, want %v", p, some, speed, got, want)
 				}
 				if small(p) && !slices.ContainsFunc(some, func(q api.Vec) bool { return !small(q) }) && vec.Len(got) > max(speed, 0) {
@@ -121,7 +122,7 @@ func TestCohere(t *testing.T) {
 			}
 		}
 	}
-	if got := Cohere(api.Vec{}, []api.Vec{{X: -3, Y: 4}, {X: -4, Y: 5}}, 100); got != (api.Vec{X: -3, Y: 4}) {
+	if got := steer.Cohere(api.Vec{}, []api.Vec{{X: -3, Y: 4}, {X: -4, Y: 5}}, 100); got != (api.Vec{X: -3, Y: 4}) {
 		t.Errorf("Cohere rounds to %v", got)
 	}
 }

@@ -1,4 +1,4 @@
-package turns
+package turns_test
 
 import (
 	"math"
@@ -7,6 +7,7 @@ import (
 
 	"throng/api"
 	"throng/copies"
+	"throng/turns"
 )
 
 // stop returns a command of player with this Seq.
@@ -61,26 +62,26 @@ func bad() []api.Input {
 // P27.1
 func TestCheck(t *testing.T) {
 	for _, i := range good() {
-		if e := Check(i); e != api.OK {
+		if e := turns.Check(i); e != api.OK {
 			t.Errorf("Check(%v) %d", i, e)
 		}
 	}
 	for _, i := range bad() {
-		if e := Check(i); e != api.ErrForm {
+		if e := turns.Check(i); e != api.ErrForm {
 			t.Errorf("Check(%v) %d", i, e)
 		}
 		for _, l := range [][]api.Input{{i}, {input(0, 1), i}, {i, input(api.MaxTicks, 8)}} {
-			if r, e := Merge(l); len(r) > 0 || e != api.ErrForm {
+			if r, e := turns.Merge(l); len(r) > 0 || e != api.ErrForm {
 				t.Errorf("Merge(%v) %v, %d", l, r, e)
 			}
-			if r, e := Put(l, input(3, 3)); len(r) > 0 || e != api.ErrForm {
+			if r, e := turns.Put(l, input(3, 3)); len(r) > 0 || e != api.ErrForm {
 				t.Errorf("Put into %v: %v, %d", l, r, e)
 			}
-			if a, b, e := Take(l, 3); len(a) > 0 || len(b) > 0 || e != api.ErrForm {
+			if a, b, e := turns.Take(l, 3); len(a) > 0 || len(b) > 0 || e != api.ErrForm {
 				t.Errorf("Take(%v) %v, %v, %d", l, a, b, e)
 			}
 		}
-		if r, e := Put(good()[:1], i); len(r) > 0 || e != api.ErrForm {
+		if r, e := turns.Put(good()[:1], i); len(r) > 0 || e != api.ErrForm {
 			t.Errorf("Put(%v) %v, %d", i, r, e)
 		}
 	}
@@ -94,7 +95,7 @@ func TestMerge(t *testing.T) {
 		for i := range 3 {
 			l[i], l[i+1] = l[i+1], l[i]
 			kept := copies.Inputs(l)
-			r, e := Merge(l)
+			r, e := turns.Merge(l)
 			if e != api.OK || !equalCommands(r, want) {
 				t.Errorf("Merge(%v) %v, %d", l, r, e)
 			}
@@ -105,11 +106,11 @@ func TestMerge(t *testing.T) {
 			}
 		}
 	}
-	if r, e := Merge(nil); len(r) > 0 || e != api.OK {
+	if r, e := turns.Merge(nil); len(r) > 0 || e != api.OK {
 		t.Errorf("Merge of nothing: %v, %d", r, e)
 	}
 	for _, l := range [][]api.Input{{input(4, 1), input(5, 2)}, {input(4, 1), input(4, 2), input(4, 1, 6)}, {input(5, 2), input(4, 1), input(5, 3)}} {
-		if r, e := Merge(l); len(r) > 0 || e != api.ErrForm {
+		if r, e := turns.Merge(l); len(r) > 0 || e != api.ErrForm {
 			t.Errorf("Merge(%v) %v, %d", l, r, e)
 		}
 	}
@@ -123,32 +124,32 @@ func list() []api.Input {
 // P27.1, P27.2
 func TestPut(t *testing.T) {
 	for at, i := range []api.Input{input(0, 7, 1), input(1, 8), input(2, 3, 6), input(4, 2), input(10, 1), input(api.MaxTicks, 2)} {
-		r, e := Put(list(), i)
+		r, e := turns.Put(list(), i)
 		if want := slices.Insert(list(), at, i); e != api.OK || !equal(r, want) {
 			t.Errorf("Put(%v) %v, %d", i, r, e)
 		}
 	}
-	if r, e := Put(nil, input(3, 4, 5)); e != api.OK || !equal(r, []api.Input{input(3, 4, 5)}) {
+	if r, e := turns.Put(nil, input(3, 4, 5)); e != api.OK || !equal(r, []api.Input{input(3, 4, 5)}) {
 		t.Errorf("Put into nothing: %v, %d", r, e)
 	}
 	for _, i := range list() {
 		i.Commands = nil
-		if r, e := Put(list(), i); len(r) > 0 || e != api.ErrOverlap {
+		if r, e := turns.Put(list(), i); len(r) > 0 || e != api.ErrOverlap {
 			t.Errorf("Put(%v) %v, %d", i, r, e)
 		}
 	}
 	for _, l := range [][]api.Input{{input(2, 2), input(2, 1)}, {input(3, 1), input(2, 2)}, {input(2, 2), input(2, 2)}} {
-		if r, e := Put(l, input(2, 2)); len(r) > 0 || e != api.ErrForm {
+		if r, e := turns.Put(l, input(2, 2)); len(r) > 0 || e != api.ErrForm {
 			t.Errorf("Put into %v: %v, %d", l, r, e)
 		}
-		if a, b, e := Take(l, 2); len(a) > 0 || len(b) > 0 || e != api.ErrForm {
+		if a, b, e := turns.Take(l, 2); len(a) > 0 || len(b) > 0 || e != api.ErrForm {
 			t.Errorf("Take(%v) %v, %v, %d", l, a, b, e)
 		}
 	}
 	for _, order := range [][]int{{0, 1, 2, 3, 4}, {4, 3, 2, 1, 0}, {2, 4, 0, 3, 1}} {
 		var r []api.Input
 		for _, n := range order {
-			r, _ = Put(r, list()[n])
+			r, _ = turns.Put(r, list()[n])
 		}
 		if !equal(r, list()) {
 			t.Errorf("order %v: %v", order, r)
@@ -159,12 +160,12 @@ func TestPut(t *testing.T) {
 // P27.1
 func TestTake(t *testing.T) {
 	for turn, at := range map[int][2]int{0: {0, 1}, 1: {1, 1}, 2: {1, 3}, 9: {3, 4}, api.MaxTicks: {4, 5}, -1: {0, 0}, math.MaxInt: {5, 5}} {
-		a, b, e := Take(list(), turn)
+		a, b, e := turns.Take(list(), turn)
 		if e != api.OK || !equal(a, list()[at[0]:at[1]]) || !equal(b, slices.Delete(list(), at[0], at[1])) {
 			t.Errorf("Take(%d) %v, %v, %d", turn, a, b, e)
 		}
 	}
-	if a, b, e := Take(nil, 0); len(a) > 0 || len(b) > 0 || e != api.OK {
+	if a, b, e := turns.Take(nil, 0); len(a) > 0 || len(b) > 0 || e != api.OK {
 		t.Errorf("Take of nothing: %v, %v, %d", a, b, e)
 	}
 }
@@ -172,8 +173,8 @@ func TestTake(t *testing.T) {
 // R2
 func TestNothingShared(t *testing.T) {
 	l, i := list(), input(3, 3, 7)
-	r, _ := Put(l, i)
-	a, b, _ := Take(l, 2)
+	r, _ := turns.Put(l, i)
+	a, b, _ := turns.Take(l, 2)
 	for _, x := range [][]api.Input{r, a, b} {
 		for _, y := range x {
 			for _, c := range y.Commands {

@@ -1,4 +1,4 @@
-package vec
+package vec_test
 
 import (
 	"math"
@@ -7,6 +7,7 @@ import (
 
 	"throng/api"
 	"throng/fixed"
+	"throng/vec"
 )
 
 // numbers returns numbers at the edges and some without a pattern.
@@ -47,23 +48,23 @@ func TestByComponents(t *testing.T) {
 	l := vectors()
 	for i, a := range l {
 		b := l[(i*31+7)%len(l)]
-		if got, want := Add(a, b), (api.Vec{X: fixed.Add(a.X, b.X), Y: fixed.Add(a.Y, b.Y)}); got != want {
+		if got, want := vec.Add(a, b), (api.Vec{X: fixed.Add(a.X, b.X), Y: fixed.Add(a.Y, b.Y)}); got != want {
 			t.Errorf("Add(%v, %v) %v, want %v", a, b, got, want)
 		}
-		if got, want := Sub(a, b), (api.Vec{X: fixed.Sub(a.X, b.X), Y: fixed.Sub(a.Y, b.Y)}); got != want {
+		if got, want := vec.Sub(a, b), (api.Vec{X: fixed.Sub(a.X, b.X), Y: fixed.Sub(a.Y, b.Y)}); got != want {
 			t.Errorf("Sub(%v, %v) %v, want %v", a, b, got, want)
 		}
-		if got, want := Neg(a), (api.Vec{X: fixed.Neg(a.X), Y: fixed.Neg(a.Y)}); got != want {
+		if got, want := vec.Neg(a), (api.Vec{X: fixed.Neg(a.X), Y: fixed.Neg(a.Y)}); got != want {
 			t.Errorf("Neg(%v) %v, want %v", a, got, want)
 		}
-		if got, want := Scale(a, b.X), (api.Vec{X: fixed.Mul(a.X, b.X), Y: fixed.Mul(a.Y, b.X)}); got != want {
+		if got, want := vec.Scale(a, b.X), (api.Vec{X: fixed.Mul(a.X, b.X), Y: fixed.Mul(a.Y, b.X)}); got != want {
 			t.Errorf("Scale(%v, %d) %v, want %v", a, b.X, got, want)
 		}
-		if got, want := Dot(a, b), fixed.Add(fixed.Mul(a.X, b.X), fixed.Mul(a.Y, b.Y)); got != want {
+		if got, want := vec.Dot(a, b), fixed.Add(fixed.Mul(a.X, b.X), fixed.Mul(a.Y, b.Y)); got != want {
 			t.Errorf("Dot(%v, %v) %d, want %d", a, b, got, want)
 		}
 	}
-	if got := Sub(api.Vec{X: 5, Y: 1}, api.Vec{X: 2, Y: 4}); got != (api.Vec{X: 3, Y: -3}) {
+	if got := vec.Sub(api.Vec{X: 5, Y: 1}, api.Vec{X: 2, Y: 4}); got != (api.Vec{X: 3, Y: -3}) {
 		t.Errorf("Sub %v", got)
 	}
 }
@@ -75,11 +76,11 @@ func TestLen(t *testing.T) {
 		if want.Cmp(big.NewInt(api.Most)) > 0 {
 			want.SetInt64(api.Most)
 		}
-		if got := Len(v); got != want.Int64() {
+		if got := vec.Len(v); got != want.Int64() {
 			t.Errorf("Len(%v) %d, want %v", v, got, want)
 		}
 	}
-	if got := Len(api.Vec{X: 3 * api.One, Y: 4 * api.One}); got != 5*api.One {
+	if got := vec.Len(api.Vec{X: 3 * api.One, Y: 4 * api.One}); got != 5*api.One {
 		t.Errorf("Len of the example is %d", got)
 	}
 }
@@ -89,16 +90,16 @@ func TestWithin(t *testing.T) {
 	l := vectors()
 	for i, a := range l {
 		b := l[(i*17+5)%len(l)]
-		of := squares(Sub(a, b))
-		for _, r := range append(numbers(), Len(Sub(a, b)), min(Len(Sub(a, b)), api.Most-1)+1) {
+		of := squares(vec.Sub(a, b))
+		for _, r := range append(numbers(), vec.Len(vec.Sub(a, b)), min(vec.Len(vec.Sub(a, b)), api.Most-1)+1) {
 			want := r >= 0 && of.Cmp(power(r)) < 0
-			if got := Within(a, b, r); got != want {
+			if got := vec.Within(a, b, r); got != want {
 				t.Errorf("Within(%v, %v, %d) %v", a, b, r, got)
 			}
 		}
 	}
 	a, b := api.Vec{X: 3}, api.Vec{Y: 4}
-	if Within(a, b, 5) || !Within(a, b, 6) || Within(a, a, 0) || !Within(a, a, 1) || Within(a, a, -1) || Within(a, a, math.MinInt64) {
+	if vec.Within(a, b, 5) || !vec.Within(a, b, 6) || vec.Within(a, a, 0) || !vec.Within(a, a, 1) || vec.Within(a, a, -1) || vec.Within(a, a, math.MinInt64) {
 		t.Error("Within at the border")
 	}
 }
@@ -112,23 +113,23 @@ func clamped(c, most, length int64) int64 {
 // P2.3, P2.4
 func TestClamp(t *testing.T) {
 	for _, v := range vectors() {
-		length := Len(v)
+		length := vec.Len(v)
 		for _, most := range append(numbers(), length, length-1) {
 			want := api.Vec{X: max(v.X, -api.Most), Y: max(v.Y, -api.Most)}
 			if m := max(most, 0); length > m {
 				want = api.Vec{X: clamped(v.X, m, length), Y: clamped(v.Y, m, length)}
 			}
-			got := Clamp(v, most)
+			got := vec.Clamp(v, most)
 			if got != want {
 				t.Fatalf("Clamp(%v, %d) %v, want %v", v, most, got, want)
 			}
 			small := max(v.X, -v.X, v.Y, -v.Y) <= 1<<61 && v.X != math.MinInt64 && v.Y != math.MinInt64
-			if small && Len(got) > max(most, 0) {
-				t.Fatalf("Clamp(%v, %d) is %d long", v, most, Len(got))
+			if small && vec.Len(got) > max(most, 0) {
+				t.Fatalf("Clamp(%v, %d) is %d long", v, most, vec.Len(got))
 			}
 		}
 	}
-	if got := Clamp(api.Vec{X: -3 * api.One, Y: 4 * api.One}, api.One); got != (api.Vec{X: -39321, Y: 52428}) {
+	if got := vec.Clamp(api.Vec{X: -3 * api.One, Y: 4 * api.One}, api.One); got != (api.Vec{X: -39321, Y: 52428}) {
 		t.Errorf("Clamp of the example is %v", got)
 	}
 }
@@ -139,12 +140,12 @@ func TestLess(t *testing.T) {
 	for i, a := range l {
 		for _, b := range []api.Vec{l[(i*13+3)%len(l)], a, {X: a.X, Y: l[(i*13+3)%len(l)].Y}} {
 			x, y := large(a.X).Cmp(large(b.X)), large(a.Y).Cmp(large(b.Y))
-			if got, want := Less(a, b), x < 0 || x == 0 && y < 0; got != want {
+			if got, want := vec.Less(a, b), x < 0 || x == 0 && y < 0; got != want {
 				t.Errorf("Less(%v, %v) %v", a, b, got)
 			}
 		}
 	}
-	if Less(api.Vec{X: math.MinInt64, Y: 1}, api.Vec{X: -api.Most}) {
+	if vec.Less(api.Vec{X: math.MinInt64, Y: 1}, api.Vec{X: -api.Most}) {
 		t.Error("the smallest int64 counts as -Most")
 	}
 }

@@ -1,4 +1,4 @@
-package view
+package view_test
 
 import (
 	"slices"
@@ -6,6 +6,7 @@ import (
 	"testing"
 
 	"throng/api"
+	"throng/view"
 )
 
 // camp returns a valid world with all kinds of units, and two soldiers of whom both stand in one tile.
@@ -40,7 +41,7 @@ func TestDraw(t *testing.T) {
 		".g..G.sC",
 		"......S.",
 	}
-	l, e := Draw(camp())
+	l, e := view.Draw(camp())
 	if e != api.OK || !slices.Equal(l, want) {
 		t.Errorf("Draw %d\n%s", e, strings.Join(l, "\n"))
 	}
@@ -50,19 +51,19 @@ func TestDraw(t *testing.T) {
 func TestSmallestID(t *testing.T) {
 	w := api.World{Players: 1, NextID: 9, Ground: api.Ground{W: 2, H: 2, Tiles: make([]byte, 4)}}
 	w.Units = []api.Unit{{ID: 1, Owner: 1, Pos: api.Vec{X: api.One * 3 / 8, Y: api.One * 3 / 8}, Goal: -1, Next: -1}, {ID: 2, Owner: 1, Pos: api.Vec{X: api.One - 1, Y: api.One - 1}, Goal: 3, Next: -1, State: api.Moving}}
-	if l, e := Draw(w); e != api.OK || !slices.Equal(l, []string{"s.", ".."}) {
+	if l, e := view.Draw(w); e != api.OK || !slices.Equal(l, []string{"s.", ".."}) {
 		t.Errorf("Draw %v, %d", l, e)
 	}
 	w.Units[0].Pos, w.Units[1].Pos = w.Units[1].Pos, w.Units[0].Pos
-	if l, e := Draw(w); e != api.OK || !slices.Equal(l, []string{"s.", ".."}) {
+	if l, e := view.Draw(w); e != api.OK || !slices.Equal(l, []string{"s.", ".."}) {
 		t.Errorf("Draw the other way round %v, %d", l, e)
 	}
 	w.Units = w.Units[1:]
-	if l, e := Draw(w); e != api.OK || !slices.Equal(l, []string{"S.", ".."}) {
+	if l, e := view.Draw(w); e != api.OK || !slices.Equal(l, []string{"S.", ".."}) {
 		t.Errorf("Draw of one %v, %d", l, e)
 	}
 	w.Units[0].Pos = api.Vec{X: api.One, Y: api.One}
-	if l, _ := Draw(w); !slices.Equal(l, []string{"..", ".S"}) {
+	if l, _ := view.Draw(w); !slices.Equal(l, []string{"..", ".S"}) {
 		t.Errorf("Draw at a corner %v", l)
 	}
 }
@@ -70,12 +71,12 @@ func TestSmallestID(t *testing.T) {
 // P31.1
 func TestExampleAndWrong(t *testing.T) {
 	w := api.World{Players: 1, NextID: 1, Ground: api.Ground{W: 1, H: 1, Tiles: []byte{0}}}
-	if l, e := Draw(w); e != api.OK || !slices.Equal(l, []string{"."}) {
+	if l, e := view.Draw(w); e != api.OK || !slices.Equal(l, []string{"."}) {
 		t.Errorf("Draw of the example %v, %d", l, e)
 	}
 	w.Tick = -1
 	for _, w := range []api.World{{}, w} {
-		if l, e := Draw(w); e != api.ErrForm || len(l) > 0 {
+		if l, e := view.Draw(w); e != api.ErrForm || len(l) > 0 {
 			t.Errorf("Draw of a wrong world %v, %d", l, e)
 		}
 	}
@@ -83,7 +84,7 @@ func TestExampleAndWrong(t *testing.T) {
 
 // P31.2
 func TestLetters(t *testing.T) {
-	l, _ := Draw(camp())
+	l, _ := view.Draw(camp())
 	n := 0
 	for _, c := range strings.Join(l, "") {
 		if strings.ContainsRune("swgcSWGC", c) {

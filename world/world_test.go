@@ -1,4 +1,4 @@
-package world
+package world_test
 
 import (
 	"bytes"
@@ -13,6 +13,7 @@ import (
 	"throng/field"
 	"throng/ground"
 	"throng/move"
+	"throng/world"
 )
 
 func equal(a, b api.World) bool {
@@ -88,9 +89,9 @@ func plain(w api.World, l []api.Command) (api.World, []api.Errno) {
 	return w, errors
 }
 
-func opened(t *testing.T, w api.World, room int) *Engine {
+func opened(t *testing.T, w api.World, room int) *world.Engine {
 	t.Helper()
-	x, e := Open(w, room)
+	x, e := world.Open(w, room)
 	if x == nil || e != api.OK || !equal(x.World(), w) {
 		t.Fatalf("Open with room %d: %d", room, e)
 	}
@@ -101,8 +102,8 @@ func opened(t *testing.T, w api.World, room int) *Engine {
 func TestAgainstPlain(t *testing.T) {
 	d := dice(3)
 	for range 5 {
-		w, _ := New(land(8+d.roll(10), 8+d.roll(10), &d), 3)
-		engines := []*Engine{opened(t, w, 1), opened(t, w, 3), opened(t, w, api.MaxUnits)}
+		w, _ := world.New(land(8+d.roll(10), 8+d.roll(10), &d), 3)
+		engines := []*world.Engine{opened(t, w, 1), opened(t, w, 3), opened(t, w, api.MaxUnits)}
 		for tick := range 120 {
 			l := some(w, &d, d.roll(5))
 			given := copies.Commands(l)
@@ -134,7 +135,7 @@ func TestNew(t *testing.T) {
 	d := dice(8)
 	g := land(5, 4, &d)
 	for _, players := range []int{1, 8} {
-		w, e := New(g, players)
+		w, e := world.New(g, players)
 		if e != api.OK || !equal(w, api.World{Players: players, NextID: 1, Ground: g}) || army.Check(w) != api.OK {
 			t.Errorf("New for %d: %v, %d", players, w, e)
 		}
@@ -144,12 +145,12 @@ func TestNew(t *testing.T) {
 		t.Error("New handed out what it was given")
 	}
 	for _, players := range []int{0, 9, -1, math.MinInt, math.MaxInt} {
-		if w, e := New(g, players); e != api.ErrForm || !equal(w, api.World{}) {
+		if w, e := world.New(g, players); e != api.ErrForm || !equal(w, api.World{}) {
 			t.Errorf("New for %d: %v, %d", players, w, e)
 		}
 	}
 	g.Tiles[3] = 6
-	if w, e := New(g, 1); e != api.ErrForm || !equal(w, api.World{}) {
+	if w, e := world.New(g, 1); e != api.ErrForm || !equal(w, api.World{}) {
 		t.Errorf("New on a wrong ground: %v, %d", w, e)
 	}
 }
@@ -157,14 +158,14 @@ func TestNew(t *testing.T) {
 // P25.2
 func TestOpen(t *testing.T) {
 	d := dice(8)
-	w, _ := New(land(5, 4, &d), 2)
+	w, _ := world.New(land(5, 4, &d), 2)
 	for _, room := range []int{0, -1, api.MaxUnits + 1, math.MinInt, math.MaxInt} {
-		if x, e := Open(w, room); x != nil || e != api.ErrForm {
+		if x, e := world.Open(w, room); x != nil || e != api.ErrForm {
 			t.Errorf("Open with room %d: %d", room, e)
 		}
 	}
 	w.NextID = 0
-	if x, e := Open(w, 1); x != nil || e != api.ErrForm {
+	if x, e := world.Open(w, 1); x != nil || e != api.ErrForm {
 		t.Errorf("Open of a wrong world: %d", e)
 	}
 }
@@ -172,7 +173,7 @@ func TestOpen(t *testing.T) {
 // P25.2: the example, and the limits.
 func TestStep(t *testing.T) {
 	d := dice(8)
-	w, _ := New(land(5, 4, &d), 2)
+	w, _ := world.New(land(5, 4, &d), 2)
 	x := opened(t, w, 1)
 	l, e := x.Step(nil)
 	w.Tick = 1
@@ -200,7 +201,7 @@ func TestStep(t *testing.T) {
 // R2: neither what was handed in nor what was handed out is the state.
 func TestNothingShared(t *testing.T) {
 	d := dice(8)
-	w, _ := New(land(9, 9, &d), 2)
+	w, _ := world.New(land(9, 9, &d), 2)
 	for _, c := range some(w, &d, 40) {
 		if x, e := apply.Apply(w, c); e == api.OK {
 			w = x
@@ -226,7 +227,7 @@ func TestNothingShared(t *testing.T) {
 
 // R1: an engine that Open did not make.
 func TestZero(t *testing.T) {
-	var x Engine
+	var x world.Engine
 	if l, e := x.Step(make([]api.Command, 2)); e == api.OK || len(l) > 0 || !equal(x.World(), api.World{}) {
 		t.Errorf("Step %v, %d", l, e)
 	}
@@ -243,7 +244,7 @@ func TestArrives(t *testing.T) {
 				g.Tiles[g.W*(g.H/2)+x] = api.Rock
 			}
 		}
-		w, _ := New(g, 1)
+		w, _ := world.New(g, 1)
 		k := d.roll(4)
 		of := []struct{ class, size int }{{0, 0}, {1, 0}, {0, 1}, {2, 0}}[k]
 		start, goal := d.roll(len(g.Tiles)), d.roll(len(g.Tiles))
