@@ -122,7 +122,12 @@ func TestWrong(t *testing.T) {
 	for _, id := range []int{0, -1, 2, math.MinInt, math.MaxInt} {
 		refused(t, w, id, api.ErrNone)
 	}
+	w.Units = append(w.Units, api.Unit{ID: 5, Owner: 1, Kind: 3, Pos: api.Vec{X: 5 * api.One / 2, Y: api.One / 2}, Goal: -1, Next: -1}, api.Unit{ID: 8, Owner: 1, Goal: -1, Next: -1, In: 5})
+	refused(t, w, 8, api.ErrAway)
 	f := open(t, 1)
+	if x, e := move.All(w, f); e != api.OK || x.Units[2] != w.Units[2] {
+		t.Errorf("All with a unit in a carrier: %v, %d", x.Units, e)
+	}
 	if x, e := move.All(w, nil); e != api.ErrForm || !equal(x, api.World{}) {
 		t.Errorf("All without fields: %d", e)
 	}

@@ -149,6 +149,7 @@ func invalid() []api.Peer {
 		func(p *api.Peer) { p.Acked[1] = 20 },
 		func(p *api.Peer) { p.Acked[2] = 22 },
 		func(p *api.Peer) { p.Acked[0] = 1 },
+		func(p *api.Peer) { p.Acked[0], p.Mine = 1, append([]api.Input{input(2, 2)}, longMine()...) },
 		func(p *api.Peer) { p.Acked[0] = 19 },
 		func(p *api.Peer) { p.Acked[0] = 17 },
 		func(p *api.Peer) { p.Inputs[0], p.Inputs[1] = p.Inputs[1], p.Inputs[0] },
@@ -213,15 +214,21 @@ func TestCheck(t *testing.T) {
 // P28.2
 func TestSay(t *testing.T) {
 	l := stops(2, 3, 7)
-	p, e := peer.Say(midway(), l)
+	given := midway()
+	p, e := peer.Say(given, l)
 	want := midway()
+	if !same(given, want) {
+		t.Error("Say changed what it was given")
+	}
 	want.Said, want.Has[1], want.Acked[1] = 22, 22, 22
 	want.Mine = append(want.Mine, input(22, 2, 3, 7))
 	want.Inputs = slices.Insert(want.Inputs, 4, input(22, 2, 3, 7))
 	if e != api.OK || !same(p, want) || peer.Check(p) != api.OK {
 		t.Errorf("Say %v, %d, want %v", p, e, want)
 	}
-	clear(l[0].Units)
+	if clear(l[0].Units); !same(p, want) {
+		t.Error("the input is shared with what was said")
+	}
 	if clear(p.Mine[3].Commands); !same(api.Peer{Inputs: p.Inputs}, api.Peer{Inputs: want.Inputs}) {
 		t.Error("the input is shared")
 	}
@@ -354,6 +361,11 @@ func TestNotes(t *testing.T) {
 	if !reflect.DeepEqual(l, want) {
 		t.Errorf("Notes %v, want %v", l, want)
 	}
+	p.Hashes = []uint64{44}
+	l, _ = peer.Notes(p)
+	if l[0].Done != 19 || l[0].Hash != 44 {
+		t.Errorf("Notes with one hash: %v", l)
+	}
 	one, _ := peer.New(1, 1, 1)
 	if l, e := peer.Notes(one); len(l) > 0 || e != api.OK {
 		t.Errorf("Notes of one alone: %v, %d", l, e)
@@ -383,8 +395,20 @@ func TestReadyAndRan(t *testing.T) {
 	}
 	want := copies.Peer(p)
 	want.Turn, want.Inputs, want.Hashes = 21, want.Inputs[3:], append(want.Hashes, 77)
-	if x, e := peer.Ran(p, 77); e != api.OK || !same(x, want) || peer.Check(x) != api.OK {
+	p.Hashes = append(make([]uint64, 0, 20), p.Hashes...)
+	given := copies.Peer(p)
+	x, e := peer.Ran(p, 77)
+	if e != api.OK || !same(x, want) || peer.Check(x) != api.OK {
 		t.Errorf("Ran %v, %d, want %v", x, e, want)
+	}
+	x.Hashes[0], x.Has[0], x.Acked[0] = 1, 1, 1
+	clear(x.Inputs)
+	if clear(x.Mine[0].Commands); !same(p, given) || p.Hashes[:6][5] != 0 {
+		t.Error("Ran handed out, or changed, what it was given")
+	}
+	p.Hashes = slices.Repeat([]uint64{9}, 15)
+	if x, _ := peer.Ran(p, 77); !slices.Equal(x.Hashes, append(slices.Clone(p.Hashes), 77)) {
+		t.Errorf("Ran with the last hash that fits: %v", x.Hashes)
 	}
 	p.Hashes = slices.Repeat([]uint64{1, 2, 3, 4}, 4)
 	if x, _ := peer.Ran(p, 77); !slices.Equal(x.Hashes, append(p.Hashes[1:16:16], 77)) {

@@ -120,9 +120,11 @@ func TestRaw(t *testing.T) {
 				t.Fatalf("GetRaw of %d of %d bytes: %d", i, len(x), e)
 			}
 		}
-		y, size, e := wire.GetRaw(append(x, 9))
-		if e != api.OK || size != len(x) || !bytes.Equal(y, b) {
-			t.Fatalf("GetRaw of %d bytes: %d, %d", n, size, e)
+		for _, more := range [][]byte{nil, {9}} {
+			y, size, e := wire.GetRaw(append(bytes.Clone(x), more...))
+			if e != api.OK || size != len(x) || !bytes.Equal(y, b) {
+				t.Fatalf("GetRaw of %d bytes: %d, %d", n, size, e)
+			}
 		}
 	}
 	if x, e := wire.Raw(make([]byte, api.MaxBytes+1)); len(x) > 0 || e != api.ErrLimit {
