@@ -1,7 +1,6 @@
 package apply_test
 
 import (
-	"bytes"
 	"slices"
 	"testing"
 
@@ -11,6 +10,7 @@ import (
 	"throng/build"
 	"throng/copies"
 	"throng/kind"
+	"throng/sample"
 	"throng/slots"
 	"throng/tiles"
 )
@@ -38,23 +38,18 @@ func camp() api.World {
 	return w
 }
 
-func equal(a, b api.World) bool {
-	return a.Tick == b.Tick && a.Players == b.Players && a.NextID == b.NextID && a.Ground.W == b.Ground.W && a.Ground.H == b.Ground.H &&
-		bytes.Equal(a.Ground.Tiles, b.Ground.Tiles) && slices.Equal(a.Buildings, b.Buildings) && slices.Equal(a.Units, b.Units)
-}
-
 // done executes c, and asks whether the new world is want.
 func done(t *testing.T, w api.World, c api.Command, want api.World) {
 	t.Helper()
 	kept := copies.World(w)
 	got, e := apply.Apply(w, c)
-	if e != api.OK || !equal(got, want) {
+	if e != api.OK || !sample.SameWorld(got, want) {
 		t.Errorf("Apply(%v) %d, %v, want %v", c, e, got, want)
 	}
 	if army.Check(got) != api.OK {
 		t.Errorf("Apply(%v): the world is not valid", c)
 	}
-	if clear(got.Units); !equal(w, kept) {
+	if clear(got.Units); !sample.SameWorld(w, kept) {
 		t.Errorf("Apply(%v) changed what it was given", c)
 	}
 }
@@ -63,7 +58,7 @@ func done(t *testing.T, w api.World, c api.Command, want api.World) {
 func refused(t *testing.T, w api.World, c api.Command, want api.Errno) {
 	t.Helper()
 	kept := copies.World(w)
-	if got, e := apply.Apply(w, c); e != want || !equal(got, api.World{}) || !equal(w, kept) {
+	if got, e := apply.Apply(w, c); e != want || !sample.SameWorld(got, api.World{}) || !sample.SameWorld(w, kept) {
 		t.Errorf("Apply(%v) %d, want %d", c, e, want)
 	}
 }
@@ -349,53 +344,20 @@ func TestUnloadBlocked(t *testing.T) {
 	done(t, w, api.Command{Kind: api.CmdUnload, Player: 1, N: 1, Tile: 1}, want)
 }
 
-// some returns commands without a pattern; many of them are refused.
-func some(n int) []api.Command {
-	seed := uint64(n)
-	next := func(n int) int {
-		seed = seed*6364136223846793005 + 1442695040888963407
-		return int(seed>>33) % n
-	}
-	var l []api.Command
-	for range n {
-		c := api.Command{Player: 1 + next(3), Seq: next(100), Kind: 1 + next(7)}
-		units := []int{1 + next(50)}
-		for range next(5) {
-			units = append(units, units[len(units)-1]+1+next(8))
-		}
-		switch c.Kind {
-		case api.CmdSpawn:
-			c.N, c.At = next(4), api.Vec{X: int64(next(12 * api.One)), Y: int64(next(10 * api.One))}
-		case api.CmdMove:
-			c.Units, c.Tile = units, next(122)
-		case api.CmdStop:
-			c.Units = units
-		case api.CmdBuild:
-			c.Tile, c.W, c.H = next(122), 1+next(2), 1+next(2)
-		case api.CmdDrop:
-			c.N = 1 + next(50)
-		case api.CmdLoad:
-			c.N, c.Units = 1+next(50), units[:1]
-		case api.CmdUnload:
-			c.N, c.Tile = 1+next(50), next(122)
-		}
-		l = append(l, c)
-	}
-	return l
-}
-
 // P23.2
 func TestStaysValid(t *testing.T) {
 	w := camp()
 	took := map[int]int{}
-	for _, c := range some(20000) {
+	d := sample.Dice(20)
+	for range 20000 {
+		c := sample.Command(w, &d)
 		kept := copies.World(w)
 		x, e := apply.Apply(w, c)
-		if !equal(w, kept) {
+		if !sample.SameWorld(w, kept) {
 			t.Fatalf("Apply(%v) changed what it was given", c)
 		}
 		if e != api.OK {
-			if !equal(x, api.World{}) {
+			if !sample.SameWorld(x, api.World{}) {
 				t.Fatalf("Apply(%v) %d with a world", c, e)
 			}
 			continue

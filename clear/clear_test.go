@@ -7,25 +7,14 @@ import (
 	"throng/api"
 	"throng/clear"
 	"throng/kind"
+	"throng/sample"
 )
 
 // land returns a ground with some of every terrain, and buildings on it.
 func land(w, h, seed int) (api.Ground, []api.Building) {
-	g := api.Ground{W: w, H: h, Tiles: make([]byte, w*h)}
-	s := uint64(seed)
-	for i := range g.Tiles {
-		s = s*6364136223846793005 + 1442695040888963407
-		if r := s >> 59; r < 6 && seed > 0 {
-			g.Tiles[i] = byte(r)
-		}
-	}
-	var l []api.Building
-	for i, terrain := range g.Tiles {
-		if i%23 == 5 && terrain <= api.Road {
-			l = append(l, api.Building{ID: i, Owner: 1, X: i % w, Y: i / w, W: 1, H: 1})
-		}
-	}
-	return g, l
+	d := sample.Dice(seed)
+	g := sample.Ground(w, h, &d, 24)
+	return g, sample.Buildings(g, 23, 5)
 }
 
 // open tells whether the tile in column x and row y exists and is open.
@@ -87,7 +76,7 @@ func smooth(t *testing.T, g api.Ground, grid []int, x, y int) {
 
 // P9.1
 func TestExample(t *testing.T) {
-	g, _ := land(3, 3, 0)
+	g := api.Ground{W: 3, H: 3, Tiles: make([]byte, 9)}
 	if grid, e := clear.Grid(g, nil, api.Foot); e != api.OK || !slices.Equal(grid, []int{1, 1, 1, 1, 2, 1, 1, 1, 1}) {
 		t.Errorf("Grid %v, %d", grid, e)
 	}

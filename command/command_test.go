@@ -4,11 +4,11 @@ import (
 	"bytes"
 	"encoding/binary"
 	"math"
-	"slices"
 	"testing"
 
 	"throng/api"
 	"throng/command"
+	"throng/sample"
 )
 
 // list returns n ascending IDs.
@@ -127,10 +127,6 @@ func encoded(c api.Command) []byte {
 	return num(b, c.N, c.Tile)
 }
 
-func equal(a, b api.Command) bool {
-	return a.Player == b.Player && a.Seq == b.Seq && a.Kind == b.Kind && a.N == b.N && slices.Equal(a.Units, b.Units) && a.Tile == b.Tile && a.W == b.W && a.H == b.H && a.At == b.At
-}
-
 // P22.1, P22.2
 func TestGood(t *testing.T) {
 	for _, c := range good() {
@@ -141,7 +137,7 @@ func TestGood(t *testing.T) {
 		if e != api.OK || !bytes.Equal(b, encoded(c)) {
 			t.Fatalf("Bytes(%v) %v, %d, want %v", c, b, e, encoded(c))
 		}
-		if x, size, e := command.Parse(append(b, 0x80, 1)); e != api.OK || size != len(b) || !equal(x, c) {
+		if x, size, e := command.Parse(append(b, 0x80, 1)); e != api.OK || size != len(b) || !sample.SameCommand(x, c) {
 			t.Fatalf("Parse of Bytes(%v) %v, %d, %d", c, x, size, e)
 		}
 		for i := range b {
@@ -167,7 +163,7 @@ func TestBad(t *testing.T) {
 
 func refused(t *testing.T, b []byte, want api.Errno) {
 	t.Helper()
-	if c, size, e := command.Parse(b); e != want || size != 0 || !equal(c, api.Command{}) {
+	if c, size, e := command.Parse(b); e != want || size != 0 || !sample.SameCommand(c, api.Command{}) {
 		t.Errorf("Parse(%v) %v, %d, %d, want %d", b, c, size, e, want)
 	}
 }
@@ -207,7 +203,7 @@ func TestParseIsNew(t *testing.T) {
 	x, _, _ := command.Parse(b)
 	y, _, _ := command.Parse(b)
 	clear(x.Units[:cap(x.Units)])
-	if !equal(y, c) || !bytes.Equal(b, encoded(c)) {
+	if !sample.SameCommand(y, c) || !bytes.Equal(b, encoded(c)) {
 		t.Error("two answers share their Units")
 	}
 }

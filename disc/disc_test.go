@@ -10,19 +10,14 @@ import (
 	"throng/disc"
 	"throng/field"
 	"throng/ground"
+	"throng/sample"
 	"throng/vec"
 )
 
 // land returns a ground with some of every terrain, and a building on it.
 func land(w, h, seed int) (api.Ground, []api.Building) {
-	g := api.Ground{W: w, H: h, Tiles: make([]byte, w*h)}
-	s := uint64(seed)
-	for i := range g.Tiles {
-		s = s*6364136223846793005 + 1442695040888963407
-		if r := s >> 60; r < 6 && seed > 0 {
-			g.Tiles[i] = byte(r)
-		}
-	}
+	d := sample.Dice(seed)
+	g := sample.Ground(w, h, &d, 16)
 	g.Tiles[0] = api.Plain
 	return g, []api.Building{{ID: 1, Owner: 1, W: 1, H: 1}}
 }

@@ -10,25 +10,14 @@ import (
 	"throng/field"
 	"throng/ground"
 	"throng/kind"
+	"throng/sample"
 )
 
 // land returns a ground with some of every terrain, and buildings on it.
 func land(w, h, seed int) (api.Ground, []api.Building) {
-	g := api.Ground{W: w, H: h, Tiles: make([]byte, w*h)}
-	s := uint64(seed)
-	for i := range g.Tiles {
-		s = s*6364136223846793005 + 1442695040888963407
-		if r := s >> 60; r < 6 {
-			g.Tiles[i] = byte(r)
-		}
-	}
-	var l []api.Building
-	for i, terrain := range g.Tiles {
-		if i%29 == 5 && terrain <= api.Road {
-			l = append(l, api.Building{ID: i, Owner: 1, X: i % w, Y: i / w, W: 1, H: 1})
-		}
-	}
-	return g, l
+	d := sample.Dice(seed)
+	g := sample.Ground(w, h, &d, 16)
+	return g, sample.Buildings(g, 29, 5)
 }
 
 // stepTo tells what the step from t to its neighbour i costs, by the words of the document; -1: there is none.

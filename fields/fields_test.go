@@ -9,18 +9,13 @@ import (
 	"throng/api"
 	"throng/field"
 	"throng/fields"
+	"throng/sample"
 )
 
 // land returns a ground with some of every terrain, and buildings on it.
 func land(w, h, seed int) (api.Ground, []api.Building) {
-	g := api.Ground{W: w, H: h, Tiles: make([]byte, w*h)}
-	s := uint64(seed)
-	for i := range g.Tiles {
-		s = s*6364136223846793005 + 1442695040888963407
-		if r := s >> 60; r < 6 {
-			g.Tiles[i] = byte(r)
-		}
-	}
+	d := sample.Dice(seed)
+	g := sample.Ground(w, h, &d, 16)
 	g.Tiles[5], g.Tiles[6] = api.Plain, api.Plain
 	return g, []api.Building{{ID: 1, Owner: 1, X: 5, W: 1, H: 1}, {ID: 3, Owner: 2, X: 6, W: 1, H: 1}}
 }

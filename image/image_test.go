@@ -5,13 +5,13 @@ import (
 	"encoding/binary"
 	"hash/fnv"
 	"math"
-	"slices"
 	"testing"
 
 	"throng/api"
 	"throng/army"
 	"throng/image"
 	"throng/mapcode"
+	"throng/sample"
 )
 
 // camp returns a valid world with buildings and units, on the field and in a carrier.
@@ -77,14 +77,9 @@ func sum(b []byte) uint64 {
 // sealed returns b with its hash.
 func sealed(b []byte) []byte { return binary.LittleEndian.AppendUint64(bytes.Clone(b), sum(b)) }
 
-func equal(a, b api.World) bool {
-	return a.Tick == b.Tick && a.Players == b.Players && a.NextID == b.NextID && a.Ground.W == b.Ground.W && a.Ground.H == b.Ground.H &&
-		bytes.Equal(a.Ground.Tiles, b.Ground.Tiles) && slices.Equal(a.Buildings, b.Buildings) && slices.Equal(a.Units, b.Units)
-}
-
 func refused(t *testing.T, b []byte, want api.Errno) {
 	t.Helper()
-	if w, e := image.Parse(b); e != want || !equal(w, api.World{}) {
+	if w, e := image.Parse(b); e != want || !sample.SameWorld(w, api.World{}) {
 		t.Errorf("Parse(%v) %d, want %d", b[:min(len(b), 30)], e, want)
 	}
 }
@@ -103,7 +98,7 @@ func TestThereAndBack(t *testing.T) {
 			t.Errorf("Hash of world %d: %d, %d", i, h, e)
 		}
 		x, e := image.Parse(b)
-		if e != api.OK || !equal(x, w) {
+		if e != api.OK || !sample.SameWorld(x, w) {
 			t.Fatalf("Parse of world %d: %d", i, e)
 		}
 		for n := 0; n < len(b); n += 1 + n/60 {
@@ -190,7 +185,7 @@ func TestWrongHash(t *testing.T) {
 	for i := range b {
 		c := bytes.Clone(b)
 		c[i] ^= 2
-		if w, e := image.Parse(c); e == api.OK || !equal(w, api.World{}) {
+		if w, e := image.Parse(c); e == api.OK || !sample.SameWorld(w, api.World{}) {
 			t.Errorf("byte %d changed: %d", i, e)
 		}
 	}

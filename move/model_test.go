@@ -1,7 +1,6 @@
 package move_test
 
 import (
-	"bytes"
 	"slices"
 
 	"throng/api"
@@ -11,6 +10,7 @@ import (
 	"throng/field"
 	"throng/ground"
 	"throng/kind"
+	"throng/sample"
 	"throng/steer"
 	"throng/vec"
 )
@@ -104,28 +104,9 @@ func modelAll(w api.World) api.World {
 	return w
 }
 
-func equal(a, b api.World) bool {
-	return a.Tick == b.Tick && a.Players == b.Players && a.NextID == b.NextID && a.Ground.W == b.Ground.W && a.Ground.H == b.Ground.H &&
-		bytes.Equal(a.Ground.Tiles, b.Ground.Tiles) && slices.Equal(a.Buildings, b.Buildings) && slices.Equal(a.Units, b.Units)
-}
-
-// dice is a source of numbers without a pattern.
-type dice uint64
-
-func (d *dice) roll(n int) int {
-	*d = *d*6364136223846793005 + 1442695040888963407
-	return int(*d>>33) % n
-}
-
 // some returns a world with units of all kinds on their ways, some of them in carriers, and with buildings.
-func some(w, h int, d *dice) api.World {
-	g := api.Ground{W: w, H: h, Tiles: make([]byte, w*h)}
-	for i := range g.Tiles {
-		if r := d.roll(14); r < 6 {
-			g.Tiles[i] = byte(r)
-		}
-	}
-	x := api.World{Players: 2, NextID: 1, Ground: g}
+func some(w, h int, d *sample.Dice) api.World {
+	x := api.World{Players: 2, NextID: 1, Ground: sample.Ground(w, h, d, 14)}
 	for range w * h {
 		x = command(x, d)
 	}
@@ -133,31 +114,10 @@ func some(w, h int, d *dice) api.World {
 }
 
 // command executes a command without a pattern, if it is not refused.
-func command(w api.World, d *dice) api.World {
-	c := api.Command{Player: 1 + d.roll(2), Kind: 1 + d.roll(7)}
-	if d.roll(3) == 0 {
-		c.Kind = api.CmdSpawn + d.roll(2)
-	}
-	tile, id := d.roll(w.Ground.W*w.Ground.H), 1+d.roll(w.NextID)
-	switch c.Kind {
-	case api.CmdSpawn:
-		c.N, c.At = d.roll(4), api.Vec{X: int64(d.roll(w.Ground.W * api.One)), Y: int64(d.roll(w.Ground.H * api.One))}
-		if d.roll(2) == 0 {
-			c.At, _ = ground.Center(w.Ground, tile)
-		}
-	case api.CmdMove:
-		c.Units, c.Tile = []int{id, id + 1 + d.roll(3)}[:1+d.roll(2)], tile
-	case api.CmdStop:
-		c.Units = []int{id}
-	case api.CmdBuild:
-		c.Tile, c.W, c.H = tile, 1+d.roll(2), 1+d.roll(2)
-	case api.CmdDrop, api.CmdUnload:
-		c.N = id
-		if c.Kind == api.CmdUnload {
-			c.Tile = tile
-		}
-	case api.CmdLoad:
-		c.N, c.Units = id, []int{1 + d.roll(w.NextID)}
+func command(w api.World, d *sample.Dice) api.World {
+	c := sample.Command(w, d)
+	if c.Kind == api.CmdSpawn && d.Roll(2) == 0 {
+		c.At, _ = ground.Center(w.Ground, d.Roll(len(w.Ground.Tiles)))
 	}
 	if x, e := apply.Apply(w, c); e == api.OK {
 		return x

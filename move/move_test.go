@@ -10,6 +10,7 @@ import (
 	"throng/fields"
 	"throng/ground"
 	"throng/move"
+	"throng/sample"
 )
 
 func open(t *testing.T, room int) *fields.Fields {
@@ -22,20 +23,20 @@ func open(t *testing.T, room int) *fields.Fields {
 }
 
 // vectors returns ways that a unit may try.
-func vectors(d *dice) []api.Vec {
+func vectors(d *sample.Dice) []api.Vec {
 	l := []api.Vec{{}, {X: 1}, {Y: -1}, {X: -15, Y: 16}, {X: api.One / 4}, {X: -3 * api.One, Y: 5 * api.One}, {X: math.MinInt64, Y: 1}, {X: math.MaxInt64, Y: math.MinInt64}, {X: 1 << 41}}
 	for range 6 {
-		l = append(l, api.Vec{X: int64(d.roll(4*api.One) - 2*api.One), Y: int64(d.roll(api.One) - api.One/2)})
+		l = append(l, api.Vec{X: int64(d.Roll(4*api.One) - 2*api.One), Y: int64(d.Roll(api.One) - api.One/2)})
 	}
 	return l
 }
 
 // P24.1, P24.2, P24.4: against the model.
 func TestOneUnit(t *testing.T) {
-	d := dice(4)
+	d := sample.Dice(4)
 	tried := map[int]int{}
 	for range 12 {
-		w := some(7+d.roll(8), 6+d.roll(6), &d)
+		w := some(7+d.Roll(8), 6+d.Roll(6), &d)
 		kept := copies.World(w)
 		for i, u := range w.Units {
 			if u.In != 0 {
@@ -45,18 +46,18 @@ func TestOneUnit(t *testing.T) {
 			for _, v := range vectors(&d) {
 				x, k, e := move.Try(w, u.ID, v)
 				want, wantK := modelTry(w, i, v)
-				if e != api.OK || k != wantK || !equal(x, want) {
+				if e != api.OK || k != wantK || !sample.SameWorld(x, want) {
 					t.Fatalf("Try(%v, %v) %d, %d, want %d", u, v, k, e, wantK)
 				}
 				tried[k]++
 			}
 			x, e := move.Unit(w, u.ID)
-			if want := modelUnit(w, i); e != api.OK || !equal(x, want) {
+			if want := modelUnit(w, i); e != api.OK || !sample.SameWorld(x, want) {
 				t.Fatalf("Unit(%v) %v, %d, want %v", u, x.Units[i], e, want.Units[i])
 			}
 			clear(x.Units)
 		}
-		if !equal(w, kept) {
+		if !sample.SameWorld(w, kept) {
 			t.Fatal("the world that was handed in changed")
 		}
 	}
@@ -69,17 +70,17 @@ func TestOneUnit(t *testing.T) {
 
 // P24.3, P24.4: many ticks, against the model, with fields of any room.
 func TestAllUnits(t *testing.T) {
-	d := dice(9)
+	d := sample.Dice(9)
 	states := map[int]int{}
 	for round := range 6 {
-		w := some(8+d.roll(8), 7+d.roll(8), &d)
+		w := some(8+d.Roll(8), 7+d.Roll(8), &d)
 		few, many := open(t, 1), open(t, 100)
 		for range 60 {
 			kept := copies.World(w)
 			x, e := move.All(w, few)
 			y, f := move.All(w, many)
 			want := modelAll(w)
-			if e != api.OK || f != api.OK || !equal(x, want) || !equal(y, want) || !equal(w, kept) {
+			if e != api.OK || f != api.OK || !sample.SameWorld(x, want) || !sample.SameWorld(y, want) || !sample.SameWorld(w, kept) {
 				t.Fatalf("round %d: %d, %d", round, e, f)
 			}
 			if army.Check(x) != api.OK {
@@ -100,10 +101,10 @@ func TestAllUnits(t *testing.T) {
 
 func refused(t *testing.T, w api.World, id int, want api.Errno) {
 	t.Helper()
-	if x, k, e := move.Try(w, id, api.Vec{X: 1}); e != want || k != 0 || !equal(x, api.World{}) {
+	if x, k, e := move.Try(w, id, api.Vec{X: 1}); e != want || k != 0 || !sample.SameWorld(x, api.World{}) {
 		t.Errorf("Try(%d) %d, %d, want %d", id, k, e, want)
 	}
-	if x, e := move.Unit(w, id); e != want || !equal(x, api.World{}) {
+	if x, e := move.Unit(w, id); e != want || !sample.SameWorld(x, api.World{}) {
 		t.Errorf("Unit(%d) %d, want %d", id, e, want)
 	}
 }
@@ -128,13 +129,13 @@ func TestWrong(t *testing.T) {
 	if x, e := move.All(w, f); e != api.OK || x.Units[2] != w.Units[2] {
 		t.Errorf("All with a unit in a carrier: %v, %d", x.Units, e)
 	}
-	if x, e := move.All(w, nil); e != api.ErrForm || !equal(x, api.World{}) {
+	if x, e := move.All(w, nil); e != api.ErrForm || !sample.SameWorld(x, api.World{}) {
 		t.Errorf("All without fields: %d", e)
 	}
 	w.Units[0].State = api.Idle
 	refused(t, w, 1, api.ErrForm)
 	refused(t, w, 99, api.ErrForm)
-	if x, e := move.All(w, f); e != api.ErrForm || !equal(x, api.World{}) {
+	if x, e := move.All(w, f); e != api.ErrForm || !sample.SameWorld(x, api.World{}) {
 		t.Errorf("All in a wrong world: %d", e)
 	}
 }

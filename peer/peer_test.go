@@ -9,6 +9,7 @@ import (
 	"throng/api"
 	"throng/copies"
 	"throng/peer"
+	"throng/sample"
 )
 
 // stops returns commands of player with these Seqs.
@@ -427,17 +428,9 @@ func TestReadyAndRan(t *testing.T) {
 	}
 }
 
-// dice is a source of numbers without a pattern.
-type dice uint64
-
-func (d *dice) roll(n int) int {
-	*d = *d*6364136223846793005 + 1442695040888963407
-	return int(*d>>33) % n
-}
-
 // P28.6, T3: peers that lose, double and delay notes execute the same, and go on when notes arrive.
 func TestLossyNetwork(t *testing.T) {
-	d := dice(12)
+	d := sample.Dice(12)
 	for _, c := range [][2]int{{2, 1}, {3, 4}, {8, 8}, {5, 2}} {
 		var peers []api.Peer
 		for id := 1; id <= c[0]; id++ {
@@ -447,19 +440,19 @@ func TestLossyNetwork(t *testing.T) {
 		said := map[[2]int][]api.Command{}
 		var transit []api.Note
 		for round := range 600 {
-			i := d.roll(c[0])
-			l := stops(i+1, d.roll(5), 5+d.roll(5))[:d.roll(3)]
+			i := d.Roll(c[0])
+			l := stops(i+1, d.Roll(5), 5+d.Roll(5))[:d.Roll(3)]
 			if p, e := peer.Say(peers[i], l); e == api.OK {
 				said[[2]int{p.Said, i + 1}], peers[i] = l, p
 			}
 			notes, _ := peer.Notes(peers[i])
 			transit = append(transit, notes...)
-			for range d.roll(6) {
-				if n := d.roll(len(transit) + 1); n < len(transit) {
-					if p, e := peer.Take(peers[transit[n].To-1], transit[n]); e == api.OK && d.roll(4) > 0 {
+			for range d.Roll(6) {
+				if n := d.Roll(len(transit) + 1); n < len(transit) {
+					if p, e := peer.Take(peers[transit[n].To-1], transit[n]); e == api.OK && d.Roll(4) > 0 {
 						peers[transit[n].To-1] = p
 					}
-					if d.roll(3) > 0 {
+					if d.Roll(3) > 0 {
 						transit = slices.Delete(transit, n, n+1)
 					}
 				}

@@ -13,44 +13,17 @@ import (
 	"throng/image"
 	"throng/mapcode"
 	"throng/replay"
+	"throng/sample"
 	"throng/world"
 )
 
-// dice is a source of numbers without a pattern.
-type dice uint64
-
-func (d *dice) roll(n int) int {
-	*d = *d*6364136223846793005 + 1442695040888963407
-	return int(*d>>33) % n
-}
-
-// land returns a ground with some of every terrain.
-func land(w, h int, d *dice) api.Ground {
-	g := api.Ground{W: w, H: h, Tiles: make([]byte, w*h)}
-	for i := range g.Tiles {
-		if r := d.roll(18); r < 6 {
-			g.Tiles[i] = byte(r)
-		}
-	}
-	return g
-}
-
 // some returns the commands of a frame, in order.
-func some(g api.Ground, players int, d *dice) []api.Command {
+func some(g api.Ground, players int, d *sample.Dice) []api.Command {
 	var l []api.Command
 	for player := 1; player <= players; player++ {
-		for seq := range d.roll(3) {
-			c := api.Command{Player: player, Seq: seq, Kind: 1 + d.roll(4)}
-			switch c.Kind {
-			case api.CmdSpawn:
-				c.N, c.At = d.roll(4), api.Vec{X: int64(d.roll(g.W * api.One)), Y: int64(d.roll(g.H * api.One))}
-			case api.CmdMove:
-				c.Units, c.Tile = []int{1 + d.roll(5), 6 + d.roll(5)}, d.roll(len(g.Tiles))
-			case api.CmdStop:
-				c.Units = []int{1 + d.roll(9)}
-			case api.CmdBuild:
-				c.Tile, c.W, c.H = d.roll(len(g.Tiles)), 1, 1
-			}
+		for seq := range d.Roll(3) {
+			c := sample.Command(api.World{Players: players, NextID: 10, Ground: g}, d)
+			c.Player, c.Seq = player, seq
 			l = append(l, c)
 		}
 	}
@@ -58,8 +31,8 @@ func some(g api.Ground, players int, d *dice) []api.Command {
 }
 
 // recorded returns a replay that was played.
-func recorded(frames, players int, d *dice) api.Replay {
-	r := api.Replay{Players: players, Ground: land(9, 8, d)}
+func recorded(frames, players int, d *sample.Dice) api.Replay {
+	r := api.Replay{Players: players, Ground: sample.Ground(9, 8, d, 18)}
 	w, _ := world.New(r.Ground, players)
 	x, _ := world.Open(w, 3)
 	for turn := range frames {
@@ -73,9 +46,7 @@ func recorded(frames, players int, d *dice) api.Replay {
 
 func equalFrames(a, b []api.Frame) bool {
 	return slices.EqualFunc(a, b, func(a, b api.Frame) bool {
-		return a.Turn == b.Turn && a.Hash == b.Hash && slices.EqualFunc(a.Commands, b.Commands, func(a, b api.Command) bool {
-			return a.Player == b.Player && a.Seq == b.Seq && a.Kind == b.Kind && a.N == b.N && slices.Equal(a.Units, b.Units) && a.Tile == b.Tile && a.W == b.W && a.H == b.H && a.At == b.At
-		})
+		return a.Turn == b.Turn && a.Hash == b.Hash && sample.SameCommands(a.Commands, b.Commands)
 	})
 }
 
@@ -123,7 +94,7 @@ func encoded(r api.Replay) ([]byte, []int) {
 
 // P29.1, P29.2, P29.4, T4
 func TestThereAndBack(t *testing.T) {
-	d := dice(2)
+	d := sample.Dice(2)
 	for _, c := range [][2]int{{0, 1}, {1, 8}, {12, 3}} {
 		r := recorded(c[0], c[1], &d)
 		want, ends := encoded(r)
@@ -153,9 +124,9 @@ func TestThereAndBack(t *testing.T) {
 
 // P29.3, T4
 func TestRun(t *testing.T) {
-	d := dice(7)
+	d := sample.Dice(7)
 	for range 4 {
-		r := recorded(40, 1+d.roll(8), &d)
+		r := recorded(40, 1+d.Roll(8), &d)
 		var want []uint64
 		for _, f := range r.Frames {
 			want = append(want, f.Hash)
@@ -185,7 +156,7 @@ func stop(player, seq int) api.Command {
 
 // invalid returns replays that are not valid.
 func invalid() []api.Replay {
-	d := dice(3)
+	d := sample.Dice(3)
 	frame := func(l ...api.Command) []api.Frame { return []api.Frame{{Commands: l}} }
 	many := make([]api.Command, 513)
 	for i := range many {
@@ -215,7 +186,7 @@ func invalid() []api.Replay {
 			}
 		},
 	} {
-		r := api.Replay{Players: 3, Ground: land(9, 8, &d)}
+		r := api.Replay{Players: 3, Ground: sample.Ground(9, 8, &d, 18)}
 		change(&r)
 		l = append(l, r)
 	}
@@ -300,7 +271,7 @@ func TestTooLong(t *testing.T) {
 
 // P29.2
 func TestFirstFault(t *testing.T) {
-	d := dice(3)
+	d := sample.Dice(3)
 	r := recorded(2, 3, &d)
 	r.Frames = r.Frames[:1]
 	b, ends := encoded(r)
@@ -335,7 +306,7 @@ func TestFirstFault(t *testing.T) {
 
 // P29.2: no byte can be changed.
 func TestChanged(t *testing.T) {
-	d := dice(4)
+	d := sample.Dice(4)
 	r := recorded(3, 2, &d)
 	b, ends := encoded(r)
 	for i := range b {

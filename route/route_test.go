@@ -12,29 +12,20 @@ import (
 	"throng/kind"
 	"throng/portal"
 	"throng/route"
+	"throng/sample"
 	"throng/sector"
 )
 
 // land returns a ground with some of every terrain (the more rocks, the more of them), and buildings on it.
 func land(w, h, seed, rocks int) (api.Ground, []api.Building) {
-	g := api.Ground{W: w, H: h, Tiles: make([]byte, w*h)}
-	s := uint64(seed)
-	for i := range g.Tiles {
-		s = s*6364136223846793005 + 1442695040888963407
-		r := int(s >> 59)
-		if r < 5 {
-			g.Tiles[i] = byte(r)
-		} else if r < 5+rocks {
-			g.Tiles[i] = api.Rock
+	d := sample.Dice(seed)
+	g := sample.Ground(w, h, &d, 32)
+	for t := range g.Tiles {
+		if d.Roll(32) < rocks {
+			g.Tiles[t] = api.Rock
 		}
 	}
-	var l []api.Building
-	for i, terrain := range g.Tiles {
-		if i%31 == 7 && terrain <= api.Road && len(l) < 200 {
-			l = append(l, api.Building{ID: i, Owner: 1, X: i % w, Y: i / w, W: 1, H: 1})
-		}
-	}
-	return g, l
+	return g, sample.Buildings(g, 31, 7)
 }
 
 // plain returns a ground that is all plain.

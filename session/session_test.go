@@ -11,65 +11,38 @@ import (
 	"throng/image"
 	"throng/peer"
 	"throng/replay"
+	"throng/sample"
 	"throng/session"
 	"throng/world"
 )
 
-// dice is a source of numbers without a pattern.
-type dice uint64
-
-func (d *dice) roll(n int) int {
-	*d = *d*6364136223846793005 + 1442695040888963407
-	return int(*d>>33) % n
-}
-
-// land returns a ground with some of every terrain.
-func land(w, h int, d *dice) api.Ground {
-	g := api.Ground{W: w, H: h, Tiles: make([]byte, w*h)}
-	for i := range g.Tiles {
-		if r := d.roll(20); r < 6 {
-			g.Tiles[i] = byte(r)
-		}
-	}
-	return g
-}
-
-// some returns commands with ascending Seq, now and then wrong ones.
-func some(g api.Ground, d *dice) []api.Command {
+// some returns commands, as a rule with ascending Seq.
+func some(g api.Ground, d *sample.Dice) []api.Command {
 	var l []api.Command
-	for seq := range d.roll(4) {
-		c := api.Command{Player: d.roll(9), Seq: seq + d.roll(2), Kind: 1 + d.roll(4)}
-		switch c.Kind {
-		case api.CmdSpawn:
-			c.N, c.At = d.roll(4), api.Vec{X: int64(d.roll(g.W * api.One)), Y: int64(d.roll(g.H * api.One))}
-		case api.CmdMove:
-			c.Units, c.Tile = []int{1 + d.roll(5), 6 + d.roll(5)}[:1+d.roll(2)], d.roll(len(g.Tiles))
-		case api.CmdStop:
-			c.Units = []int{1 + d.roll(9)}
-		case api.CmdBuild:
-			c.Tile, c.W, c.H = d.roll(len(g.Tiles)), 1, 1
-		}
+	for seq := range d.Roll(4) {
+		c := sample.Command(api.World{Players: 8, NextID: 10, Ground: g}, d)
+		c.Seq = seq + d.Roll(2)
 		l = append(l, c)
 	}
 	return l
 }
 
 // script returns acts, some of them impossible.
-func script(g api.Ground, players, n int, d *dice) []api.Act {
+func script(g api.Ground, players, n int, d *sample.Dice) []api.Act {
 	var l []api.Act
 	for range n {
-		a := api.Act{Kind: d.roll(9), Peer: 1 + d.roll(players), N: d.roll(100) - 20, Pick: d.roll(3)}
-		if d.roll(2) == 0 {
-			a.Kind = []int{api.ActSay, api.ActTick}[d.roll(2)]
+		a := api.Act{Kind: d.Roll(9), Peer: 1 + d.Roll(players), N: d.Roll(100) - 20, Pick: d.Roll(3)}
+		if d.Roll(2) == 0 {
+			a.Kind = []int{api.ActSay, api.ActTick}[d.Roll(2)]
 		}
-		if d.roll(30) == 0 {
-			a.Peer = []int{0, -1, players + 1, math.MaxInt, math.MinInt}[d.roll(5)]
+		if d.Roll(30) == 0 {
+			a.Peer = []int{0, -1, players + 1, math.MaxInt, math.MinInt}[d.Roll(5)]
 		}
 		switch a.Kind {
 		case api.ActSay:
 			a.Commands = some(g, d)
 		case api.ActCalm:
-			a.N = []int{0, 1, 2, 61, -1, math.MinInt, math.MaxInt, 3}[d.roll(8)]
+			a.N = []int{0, 1, 2, 61, -1, math.MinInt, math.MaxInt, 3}[d.Roll(8)]
 		}
 		l = append(l, a)
 	}
@@ -196,10 +169,10 @@ func same(a, b api.Report) bool {
 
 // P30.1, P30.2, P30.3: against the model, with any room.
 func TestAgainstModel(t *testing.T) {
-	d := dice(6)
+	d := sample.Dice(6)
 	turns := 0
 	for _, c := range [][2]int{{1, 1}, {1, 8}, {2, 1}, {2, 4}, {3, 2}, {5, 8}, {8, 3}} {
-		g := land(8+d.roll(4), 8+d.roll(4), &d)
+		g := sample.Ground(8+d.Roll(4), 8+d.Roll(4), &d, 20)
 		l := script(g, c[0], 400, &d)
 		m := newModel(g, c[0], c[1])
 		for _, a := range l {

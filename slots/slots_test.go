@@ -10,19 +10,14 @@ import (
 	"throng/disc"
 	"throng/field"
 	"throng/ground"
+	"throng/sample"
 	"throng/slots"
 )
 
 // land returns a ground with some of every terrain, and a building on it.
 func land(w, h, seed int) (api.Ground, []api.Building) {
-	g := api.Ground{W: w, H: h, Tiles: make([]byte, w*h)}
-	s := uint64(seed)
-	for i := range g.Tiles {
-		s = s*6364136223846793005 + 1442695040888963407
-		if r := s >> 60; r < 6 && seed > 0 {
-			g.Tiles[i] = byte(r)
-		}
-	}
+	d := sample.Dice(seed)
+	g := sample.Ground(w, h, &d, 16)
 	g.Tiles[w*h/2] = api.Road
 	return g, []api.Building{{ID: 1, Owner: 1, X: w * h / 2 % w, Y: w * h / 2 / w, W: 1, H: 1}}
 }
@@ -87,7 +82,7 @@ func sideBySide(t *testing.T, g api.Ground, size int, found []int) {
 
 // P20.1
 func TestExample(t *testing.T) {
-	g, _ := land(5, 5, 0)
+	g := api.Ground{W: 5, H: 5, Tiles: make([]byte, 25)}
 	if l, e := slots.Find(g, nil, api.Foot, 0, 12, 9); e != api.OK || !slices.Equal(l, []int{12, 6, 7, 8, 11, 13, 16, 17, 18}) {
 		t.Errorf("Find %v, %d", l, e)
 	}

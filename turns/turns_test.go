@@ -7,6 +7,7 @@ import (
 
 	"throng/api"
 	"throng/copies"
+	"throng/sample"
 	"throng/turns"
 )
 
@@ -24,15 +25,9 @@ func input(turn, player int, seqs ...int) api.Input {
 	return i
 }
 
-func equalCommands(a, b []api.Command) bool {
-	return slices.EqualFunc(a, b, func(a, b api.Command) bool {
-		return a.Player == b.Player && a.Seq == b.Seq && a.Kind == b.Kind && a.N == b.N && a.Tile == b.Tile && a.W == b.W && a.H == b.H && a.At == b.At && slices.Equal(a.Units, b.Units)
-	})
-}
-
 func equal(a, b []api.Input) bool {
 	return slices.EqualFunc(a, b, func(a, b api.Input) bool {
-		return a.Turn == b.Turn && a.Player == b.Player && equalCommands(a.Commands, b.Commands)
+		return a.Turn == b.Turn && a.Player == b.Player && sample.SameCommands(a.Commands, b.Commands)
 	})
 }
 
@@ -96,7 +91,7 @@ func TestMerge(t *testing.T) {
 			l[i], l[i+1] = l[i+1], l[i]
 			kept := copies.Inputs(l)
 			r, e := turns.Merge(l)
-			if e != api.OK || !equalCommands(r, want) {
+			if e != api.OK || !sample.SameCommands(r, want) {
 				t.Errorf("Merge(%v) %v, %d", l, r, e)
 			}
 			clear(r[0].Units)

@@ -1,7 +1,6 @@
 package world_test
 
 import (
-	"bytes"
 	"math"
 	"slices"
 	"testing"
@@ -13,57 +12,17 @@ import (
 	"throng/field"
 	"throng/ground"
 	"throng/move"
+	"throng/sample"
 	"throng/world"
 )
 
-func equal(a, b api.World) bool {
-	return a.Tick == b.Tick && a.Players == b.Players && a.NextID == b.NextID && a.Ground.W == b.Ground.W && a.Ground.H == b.Ground.H &&
-		bytes.Equal(a.Ground.Tiles, b.Ground.Tiles) && slices.Equal(a.Buildings, b.Buildings) && slices.Equal(a.Units, b.Units)
-}
-
-// dice is a source of numbers without a pattern.
-type dice uint64
-
-func (d *dice) roll(n int) int {
-	*d = *d*6364136223846793005 + 1442695040888963407
-	return int(*d>>33) % n
-}
-
-// land returns a ground with some of every terrain.
-func land(w, h int, d *dice) api.Ground {
-	g := api.Ground{W: w, H: h, Tiles: make([]byte, w*h)}
-	for i := range g.Tiles {
-		if r := d.roll(16); r < 6 {
-			g.Tiles[i] = byte(r)
-		}
-	}
-	return g
-}
-
 // some returns n commands; some of them are not valid.
-func some(w api.World, d *dice, n int) []api.Command {
+func some(w api.World, d *sample.Dice, n int) []api.Command {
 	var l []api.Command
 	for range n {
-		c := api.Command{Player: d.roll(4), Kind: 1 + d.roll(7)}
-		tile, id := d.roll(len(w.Ground.Tiles)+1), 1+d.roll(w.NextID)
-		if d.roll(2) == 0 {
-			c.Kind = api.CmdSpawn + d.roll(2)
-		}
-		switch c.Kind {
-		case api.CmdSpawn:
-			c.N, c.At = d.roll(4), api.Vec{X: int64(d.roll(w.Ground.W * api.One)), Y: int64(d.roll(w.Ground.H * api.One))}
-		case api.CmdMove:
-			c.Units, c.Tile = []int{id, id + 1 + d.roll(3)}[:1+d.roll(2)], tile
-		case api.CmdStop:
-			c.Units = []int{id}
-		case api.CmdBuild:
-			c.Tile, c.W, c.H = tile, 1+d.roll(2), 1+d.roll(2)
-		case api.CmdDrop:
-			c.N = id
-		case api.CmdLoad:
-			c.N, c.Units = id, []int{1 + d.roll(w.NextID)}
-		case api.CmdUnload:
-			c.N, c.Tile = id, tile
+		c := sample.Command(w, d)
+		if d.Roll(9) == 0 {
+			c.Player = d.Roll(2) * (w.Players + 1)
 		}
 		l = append(l, c)
 	}
@@ -92,7 +51,7 @@ func plain(w api.World, l []api.Command) (api.World, []api.Errno) {
 func opened(t *testing.T, w api.World, room int) *world.Engine {
 	t.Helper()
 	x, e := world.Open(w, room)
-	if x == nil || e != api.OK || !equal(x.World(), w) {
+	if x == nil || e != api.OK || !sample.SameWorld(x.World(), w) {
 		t.Fatalf("Open with room %d: %d", room, e)
 	}
 	return x
@@ -100,17 +59,17 @@ func opened(t *testing.T, w api.World, room int) *world.Engine {
 
 // P25.2, P25.3, T1, T2
 func TestAgainstPlain(t *testing.T) {
-	d := dice(3)
+	d := sample.Dice(3)
 	for range 5 {
-		w, _ := world.New(land(8+d.roll(10), 8+d.roll(10), &d), 3)
+		w, _ := world.New(sample.Ground(8+d.Roll(10), 8+d.Roll(10), &d, 16), 3)
 		engines := []*world.Engine{opened(t, w, 1), opened(t, w, 3), opened(t, w, api.MaxUnits)}
 		for tick := range 120 {
-			l := some(w, &d, d.roll(5))
+			l := some(w, &d, d.Roll(5))
 			given := copies.Commands(l)
 			want, wantErrors := plain(w, l)
 			for i, x := range engines {
 				errors, e := x.Step(l)
-				if e != api.OK || !slices.Equal(errors, wantErrors) || !equal(x.World(), want) {
+				if e != api.OK || !slices.Equal(errors, wantErrors) || !sample.SameWorld(x.World(), want) {
 					t.Fatalf("engine %d, tick %d: %d, %v, want %v", i, tick, e, errors, wantErrors)
 				}
 			}
@@ -132,11 +91,11 @@ func TestAgainstPlain(t *testing.T) {
 
 // P25.1
 func TestNew(t *testing.T) {
-	d := dice(8)
-	g := land(5, 4, &d)
+	d := sample.Dice(8)
+	g := sample.Ground(5, 4, &d, 16)
 	for _, players := range []int{1, 8} {
 		w, e := world.New(g, players)
-		if e != api.OK || !equal(w, api.World{Players: players, NextID: 1, Ground: g}) || army.Check(w) != api.OK {
+		if e != api.OK || !sample.SameWorld(w, api.World{Players: players, NextID: 1, Ground: g}) || army.Check(w) != api.OK {
 			t.Errorf("New for %d: %v, %d", players, w, e)
 		}
 		clear(w.Ground.Tiles)
@@ -145,20 +104,20 @@ func TestNew(t *testing.T) {
 		t.Error("New handed out what it was given")
 	}
 	for _, players := range []int{0, 9, -1, math.MinInt, math.MaxInt} {
-		if w, e := world.New(g, players); e != api.ErrForm || !equal(w, api.World{}) {
+		if w, e := world.New(g, players); e != api.ErrForm || !sample.SameWorld(w, api.World{}) {
 			t.Errorf("New for %d: %v, %d", players, w, e)
 		}
 	}
 	g.Tiles[3] = 6
-	if w, e := world.New(g, 1); e != api.ErrForm || !equal(w, api.World{}) {
+	if w, e := world.New(g, 1); e != api.ErrForm || !sample.SameWorld(w, api.World{}) {
 		t.Errorf("New on a wrong ground: %v, %d", w, e)
 	}
 }
 
 // P25.2
 func TestOpen(t *testing.T) {
-	d := dice(8)
-	w, _ := world.New(land(5, 4, &d), 2)
+	d := sample.Dice(8)
+	w, _ := world.New(sample.Ground(5, 4, &d, 16), 2)
 	for _, room := range []int{0, -1, api.MaxUnits + 1, math.MinInt, math.MaxInt} {
 		if x, e := world.Open(w, room); x != nil || e != api.ErrForm {
 			t.Errorf("Open with room %d: %d", room, e)
@@ -172,16 +131,16 @@ func TestOpen(t *testing.T) {
 
 // P25.2: the example, and the limits.
 func TestStep(t *testing.T) {
-	d := dice(8)
-	w, _ := world.New(land(5, 4, &d), 2)
+	d := sample.Dice(8)
+	w, _ := world.New(sample.Ground(5, 4, &d, 16), 2)
 	x := opened(t, w, 1)
 	l, e := x.Step(nil)
 	w.Tick = 1
-	if e != api.OK || len(l) > 0 || !equal(x.World(), w) {
+	if e != api.OK || len(l) > 0 || !sample.SameWorld(x.World(), w) {
 		t.Errorf("Step %v, %d", l, e)
 	}
 	many := make([]api.Command, api.MaxPeers*api.MaxTurn+1)
-	if l, e := x.Step(many); e != api.ErrLimit || len(l) > 0 || !equal(x.World(), w) {
+	if l, e := x.Step(many); e != api.ErrLimit || len(l) > 0 || !sample.SameWorld(x.World(), w) {
 		t.Errorf("Step with too many commands: %v, %d", l, e)
 	}
 	if l, e := x.Step(many[1:]); e != api.OK || len(l) != 512 || slices.Min(l) != api.ErrForm || slices.Max(l) != api.ErrForm {
@@ -193,15 +152,15 @@ func TestStep(t *testing.T) {
 		t.Errorf("the last tick: %d", e)
 	}
 	w.Tick++
-	if l, e := x.Step(many); e != api.ErrState || len(l) > 0 || !equal(x.World(), w) {
+	if l, e := x.Step(many); e != api.ErrState || len(l) > 0 || !sample.SameWorld(x.World(), w) {
 		t.Errorf("one more tick: %v, %d", l, e)
 	}
 }
 
 // R2: neither what was handed in nor what was handed out is the state.
 func TestNothingShared(t *testing.T) {
-	d := dice(8)
-	w, _ := world.New(land(9, 9, &d), 2)
+	d := sample.Dice(8)
+	w, _ := world.New(sample.Ground(9, 9, &d, 16), 2)
 	for _, c := range some(w, &d, 40) {
 		if x, e := apply.Apply(w, c); e == api.OK {
 			w = x
@@ -213,14 +172,14 @@ func TestNothingShared(t *testing.T) {
 	clear(w.Ground.Tiles)
 	clear(w.Buildings)
 	y := x.World()
-	if !equal(y, kept) {
+	if !sample.SameWorld(y, kept) {
 		t.Error("the state is what was handed in")
 	}
 	clear(y.Units)
 	clear(y.Ground.Tiles)
 	clear(y.Buildings)
 	_ = append(y.Units[:1], api.Unit{ID: 77})
-	if !equal(x.World(), kept) {
+	if !sample.SameWorld(x.World(), kept) {
 		t.Error("the state was handed out")
 	}
 }
@@ -228,26 +187,26 @@ func TestNothingShared(t *testing.T) {
 // R1: an engine that Open did not make.
 func TestZero(t *testing.T) {
 	var x world.Engine
-	if l, e := x.Step(make([]api.Command, 2)); e == api.OK || len(l) > 0 || !equal(x.World(), api.World{}) {
+	if l, e := x.Step(make([]api.Command, 2)); e == api.OK || len(l) > 0 || !sample.SameWorld(x.World(), api.World{}) {
 		t.Errorf("Step %v, %d", l, e)
 	}
 }
 
 // T3: a unit alone arrives if there is a way, and is lost if there is none.
 func TestArrives(t *testing.T) {
-	d := dice(5)
+	d := sample.Dice(5)
 	seen := map[int]int{}
 	for round := range 100 {
-		g := land(6+d.roll(12), 6+d.roll(12), &d)
+		g := sample.Ground(6+d.Roll(12), 6+d.Roll(12), &d, 16)
 		for x := range g.W {
 			if round%3 == 0 {
 				g.Tiles[g.W*(g.H/2)+x] = api.Rock
 			}
 		}
 		w, _ := world.New(g, 1)
-		k := d.roll(4)
+		k := d.Roll(4)
 		of := []struct{ class, size int }{{0, 0}, {1, 0}, {0, 1}, {2, 0}}[k]
-		start, goal := d.roll(len(g.Tiles)), d.roll(len(g.Tiles))
+		start, goal := d.Roll(len(g.Tiles)), d.Roll(len(g.Tiles))
 		p, _ := ground.Center(g, start)
 		x := opened(t, w, 2)
 		if l, _ := x.Step([]api.Command{{Player: 1, Kind: api.CmdSpawn, N: k, At: p}}); l[0] != api.OK {
